@@ -5,8 +5,8 @@ import (
 	"testing"
 )
 
-// R3: what tells a set's numbers may be left at any time, gone over again, and nested.
-func TestMembersLeftAgainAndNested(t *testing.T) {
+// What tells a set's numbers may be left at any time, gone over again, and nested.
+func TestR3MembersLeftAgainAndNested(t *testing.T) {
 	all := members(Of([]int{0, 5, 63}))
 	var told []int
 	for n := range all {
