@@ -6,6 +6,7 @@ import (
 	"testing"
 
 	"twain/bits"
+	"twain/sample"
 )
 
 const full = math.MaxUint64
@@ -13,20 +14,9 @@ const full = math.MaxUint64
 // outside: numbers that no set can have, next to the edges, at multiples of the word and at the ends of an int.
 var outside = []int{math.MinInt, math.MinInt + 1, math.MinInt32, -65, -64, -63, -1, 64, 65, 127, 128, 256, math.MaxInt32, math.MaxInt - 1, math.MaxInt}
 
-// sets: the empty one, the full one, each number alone, each missing alone, and many of no pattern.
+// sets: samples, and those with whole halves and every other number.
 func sets() []uint64 {
-	all := []uint64{0, full, 1, 1 << 63, 1<<63 | 1, 0x5555555555555555, 0xaaaaaaaaaaaaaaaa, 0x00000000ffffffff, 0xffffffff00000000}
-	for n := range 64 {
-		all = append(all, uint64(1)<<n, ^(uint64(1) << n))
-	}
-	x := uint64(0x9e3779b97f4a7c15)
-	for range 2000 {
-		x ^= x << 13
-		x ^= x >> 7
-		x ^= x << 17
-		all = append(all, x)
-	}
-	return all
+	return append(sample.Words(), 1<<63|1, 0x5555555555555555, 0xaaaaaaaaaaaaaaaa, 0x00000000ffffffff, 0xffffffff00000000)
 }
 
 // members: the set's numbers, rising, found by asking each bit of the word.
