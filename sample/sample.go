@@ -9,13 +9,27 @@ func Words() []uint64 {
 	for n := range 64 {
 		all = append(all, uint64(1)<<n, ^(uint64(1) << n))
 	}
-	// No source of chance is needed: any row of words that mixes all bits will do.
+	return append(all, mixed(2000)...)
+}
+
+// Bytes: n bytes of no pattern; the same ones at each call.
+func Bytes(n int) []byte {
+	list := make([]byte, n)
+	for i, x := range mixed(n) {
+		list[i] = byte(x >> 32)
+	}
+	return list
+}
+
+// mixed: n words of no pattern. No source of chance is needed: any row of words that mixes all bits will do.
+func mixed(n int) []uint64 {
+	list := make([]uint64, n)
 	x := uint64(0x9e3779b97f4a7c15)
-	for range 2000 {
+	for i := range list {
 		x ^= x << 13
 		x ^= x >> 7
 		x ^= x << 17
-		all = append(all, x)
+		list[i] = x
 	}
-	return all
+	return list
 }
