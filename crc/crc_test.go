@@ -60,15 +60,6 @@ func numbers() []uint32 {
 	return list
 }
 
-// lists: none, few and many bytes, all 0, all 255, and of no pattern.
-func lists() [][]byte {
-	all := [][]byte{nil, {}, []byte("123456789"), {1}, {127}, {128}}
-	for _, size := range []int{1, 2, 3, 4, 5, 8, 9, 16, 31, 64, 100, 512} {
-		all = append(all, make([]byte, size), bytes.Repeat([]byte{255}, size), sample.Bytes(size))
-	}
-	return all
-}
-
 func TestP3_1Step(t *testing.T) {
 	for _, x := range numbers() {
 		for c := range 256 {
@@ -130,7 +121,7 @@ func TestP3_1SumByExample(t *testing.T) {
 }
 
 func TestP3_1Sum(t *testing.T) {
-	for _, b := range lists() {
+	for _, b := range sample.Lists() {
 		got := crc.Sum(b)
 		if want := summed(b); got != want {
 			t.Errorf("Sum(%v): %d, want %d", b, got, want)
@@ -200,7 +191,7 @@ func TestP3_1BytesStayAsTheyWere(t *testing.T) {
 }
 
 func TestP3_2ASumGoesOnFromAnyPlace(t *testing.T) {
-	for _, b := range lists() {
+	for _, b := range sample.Lists() {
 		want := crc.Sum(b)
 		for cut := range len(b) + 1 {
 			if got := crc.More(crc.Sum(b[:cut]), b[cut:]); got != want {
@@ -223,7 +214,7 @@ func TestP3_2ASumGoesOnFromAnySum(t *testing.T) {
 }
 
 func TestP3_2ASumGoesOnByteByByte(t *testing.T) {
-	for _, b := range lists() {
+	for _, b := range sample.Lists() {
 		sum := crc.Sum(nil)
 		for i := range b {
 			sum = crc.More(sum, b[i:i+1])
@@ -234,40 +225,12 @@ func TestP3_2ASumGoesOnByteByByte(t *testing.T) {
 	}
 }
 
-// turned: b with the bits of mask turned in the four bytes from place on, as far as there are such.
-func turned(b []byte, place int, mask uint32) []byte {
-	b = bytes.Clone(b)
-	for i := place; i < min(place+4, len(b)); i++ {
-		b[i] ^= byte(mask)
-		mask >>= 8
-	}
-	return b
-}
-
-// places: where bytes are turned in a list of that size: at its beginning, within, and at its end.
-func places(size int) []int {
-	var list []int
-	for place := range size {
-		if place < 4 || place == size/2 || place >= size-4 {
-			list = append(list, place)
-		}
-	}
-	return list
-}
-
 func TestP3_2OtherBytesHaveAnotherSum(t *testing.T) {
-	masks := []uint32{0xff, 0xff00, 0xffff, 0xff0000, 0xff00ff, 0xffffff, 0xff0000ff, 0xff00ff00, 0xffffffff, 0x80000001, turn}
-	for _, n := range sample.Words()[:300] {
-		// One byte, two, three and four side by side.
-		masks = append(masks, uint32(n)&0xff, uint32(n)&0xffff, uint32(n)&0xffffff, uint32(n))
-	}
-	for _, b := range lists() {
+	for _, b := range sample.Lists() {
 		was := crc.Sum(b)
-		for _, place := range places(len(b)) {
-			for _, mask := range masks {
-				if other := turned(b, place, mask); !bytes.Equal(other, b) && crc.Sum(other) == was {
-					t.Fatalf("%v, and %v, of which four at most from %d on are other ones: both have the sum %d", b, other, place, was)
-				}
+		for other := range sample.Others(b) {
+			if crc.Sum(other) == was {
+				t.Fatalf("%v, and %v, of which some within four are other ones: both have the sum %d", b, other, was)
 			}
 		}
 	}
@@ -313,9 +276,9 @@ func TestP3_2NoOtherFourBytesHaveTheSameSum(t *testing.T) {
 		for place := range size - 3 {
 			words := make([]uint32, 32)
 			for bit := range words {
-				words[bit] = crc.Sum(b) ^ crc.Sum(turned(b, place, 1<<bit))
+				words[bit] = crc.Sum(b) ^ crc.Sum(sample.Turned(b, place, 1<<bit))
 			}
-			if mask := uint32(turn); crc.Sum(b)^crc.Sum(turned(b, place, mask)) != xored(words, mask) {
+			if mask := uint32(turn); crc.Sum(b)^crc.Sum(sample.Turned(b, place, mask)) != xored(words, mask) {
 				t.Fatalf("of %d bytes, those from %d on turned by %#x: the sum is not turned by each bit alone", size, place, mask)
 			}
 			if got := rank(words); got != 32 {

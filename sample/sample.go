@@ -1,7 +1,11 @@
 // Package sample has inputs that the tests of several layers try. No layer calls it.
 package sample
 
-import "math"
+import (
+	"bytes"
+	"iter"
+	"math"
+)
 
 // Words: the ends, each bit alone, each missing alone, and many words of no pattern; the same ones at each call.
 func Words() []uint64 {
@@ -17,6 +21,58 @@ func Bytes(n int) []byte {
 	list := make([]byte, n)
 	for i, x := range mixed(n) {
 		list[i] = byte(x >> 32)
+	}
+	return list
+}
+
+// Lists: none, few and many bytes, all 0, all 255, and of no pattern.
+func Lists() [][]byte {
+	all := [][]byte{nil, {}, []byte("123456789"), {1}, {127}, {128}}
+	for _, size := range []int{1, 2, 3, 4, 5, 8, 9, 16, 31, 64, 100, 512} {
+		all = append(all, make([]byte, size), bytes.Repeat([]byte{255}, size), Bytes(size))
+	}
+	return all
+}
+
+// Turned: b with the bits of mask turned in the four bytes from place on, as far as there are such.
+func Turned(b []byte, place int, mask uint32) []byte {
+	b = bytes.Clone(b)
+	for i := place; i < min(place+4, len(b)); i++ {
+		b[i] ^= byte(mask)
+		mask >>= 8
+	}
+	return b
+}
+
+// Others: b with some bytes within four side by side turned, at its beginning, within and at its end, each time others.
+func Others(b []byte) iter.Seq[[]byte] {
+	return func(yield func([]byte) bool) {
+		for _, place := range places(len(b)) {
+			for _, mask := range masks() {
+				if other := Turned(b, place, mask); !bytes.Equal(other, b) && !yield(other) {
+					return
+				}
+			}
+		}
+	}
+}
+
+// places: where bytes are turned in a list of that size. All of the last eight are among them: four may be a sum, and then four over its border are turned, too.
+func places(size int) []int {
+	var list []int
+	for place := range size {
+		if place < 4 || place == size/2 || place >= size-8 {
+			list = append(list, place)
+		}
+	}
+	return list
+}
+
+// masks: which bits are turned, in one byte, and in two, three and four side by side.
+func masks() []uint32 {
+	list := []uint32{0xff, 0xff00, 0xffff, 0xff0000, 0xff00ff, 0xffffff, 0xff0000ff, 0xff00ff00, 0xffffffff, 0x80000001, 0xedb88320}
+	for _, n := range Words()[:300] {
+		list = append(list, uint32(n)&0xff, uint32(n)&0xffff, uint32(n)&0xffffff, uint32(n))
 	}
 	return list
 }
