@@ -1,0 +1,55 @@
+package sample_test
+
+import (
+	"testing"
+
+	"twain/api"
+	"twain/disk"
+	"twain/sample"
+)
+
+func TestAlike(t *testing.T) {
+	start := func() *disk.Disk {
+		d, _ := disk.New(4)
+		d.Write(1, api.Sector{1})
+		d.Flush()
+		d.Write(2, api.Sector{2})
+		return d
+	}
+	if d := start(); !sample.Alike(d, d.Copy()) || !sample.Alike(d, start()) || !sample.Alike(nil, &disk.Disk{}) {
+		t.Errorf("disks that are alike are told apart")
+	}
+	for what, do := range map[string]func(d *disk.Disk){
+		"is broken":              func(d *disk.Disk) { d.Fuse(0); d.Flush() },
+		"is flushed":             func(d *disk.Disk) { d.Flush() },
+		"has done more":          func(d *disk.Disk) { d.Write(2, api.Sector{2}) },
+		"has lost its cache":     func(d *disk.Disk) { d.Crash(0) },
+		"was spared its cache":   func(d *disk.Disk) { d.Crash(1) },
+		"has another one cached": func(d *disk.Disk) { d.Write(3, api.Sector{2}) },
+	} {
+		d := start()
+		do(d)
+		if sample.Alike(d, start()) || sample.Alike(start(), d) {
+			t.Errorf("a disk that %s is told to be as it was", what)
+		}
+	}
+}
+
+// As many operations, the same sectors cached, and yet another sector: by what is cached, and by what is durable.
+func TestAlikeSectorBySector(t *testing.T) {
+	write := func(first, second byte) *disk.Disk {
+		d, _ := disk.New(4)
+		d.Write(3, api.Sector{15: first})
+		d.Flush()
+		d.Write(3, api.Sector{15: second})
+		return d
+	}
+	if !sample.Alike(write(1, 2), write(1, 2)) || sample.Alike(write(1, 2), write(1, 3)) || sample.Alike(write(1, 2), write(3, 2)) {
+		t.Errorf("sectors are not told apart")
+	}
+	few, _ := disk.New(4)
+	many, _ := disk.New(5)
+	if sample.Alike(few, many) || sample.Alike(many, few) {
+		t.Errorf("sizes are not told apart")
+	}
+}
