@@ -3,8 +3,28 @@ package sample
 import (
 	"slices"
 
+	"twain/api"
 	"twain/disk"
 )
+
+// Disk: a new disk of n sectors; nil, if none has so many.
+func Disk(n int) *disk.Disk {
+	d, _ := disk.New(n)
+	return d
+}
+
+// Lay: the sector is durable there, whoever wrote it, as is all that was cached.
+func Lay(d *disk.Disk, at int, s api.Sector) {
+	d.Write(at, s)
+	d.Flush()
+}
+
+// Broken: the disk, broken, with what it holds as it was.
+func Broken(d *disk.Disk) *disk.Disk {
+	d.Fuse(0)
+	d.Flush()
+	return d
+}
 
 // Alike: do two disks tell the same, of each sector too? A copy made ahead of a call shows so what the call did.
 func Alike(a, b *disk.Disk) bool {

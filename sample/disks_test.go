@@ -8,6 +8,33 @@ import (
 	"twain/sample"
 )
 
+func TestDisk(t *testing.T) {
+	for _, n := range []int{1, 8, api.MaxDisk} {
+		if d := sample.Disk(n); d.Size() != n || len(d.Cached()) != 0 || d.Ops() != 0 {
+			t.Errorf("Disk(%d): of %d sectors, Cached %v, Ops %d", n, d.Size(), d.Cached(), d.Ops())
+		}
+	}
+	for _, n := range []int{-1, 0, api.MaxDisk + 1} {
+		if d := sample.Disk(n); d != nil {
+			t.Errorf("Disk(%d): of %d sectors, want none", n, d.Size())
+		}
+	}
+}
+
+func TestLayAndBroken(t *testing.T) {
+	d := sample.Disk(4)
+	d.Write(1, api.Sector{1})
+	sample.Lay(d, 2, api.Sector{2})
+	if d.Durable(1) != (api.Sector{1}) || d.Durable(2) != (api.Sector{2}) || len(d.Cached()) != 0 {
+		t.Errorf("Lay: %v, %v, Cached %v", d.Durable(1), d.Durable(2), d.Cached())
+	}
+	d.Write(3, api.Sector{3})
+	ops := d.Ops()
+	if b := sample.Broken(d); b != d || !d.Broken() || d.Ops() != ops || len(d.Cached()) != 1 || d.Durable(3) != (api.Sector{}) {
+		t.Errorf("Broken: %v, Ops %d, Cached %v, %v", d.Broken(), d.Ops(), d.Cached(), d.Durable(3))
+	}
+}
+
 func TestAlike(t *testing.T) {
 	start := func() *disk.Disk {
 		d, _ := disk.New(4)

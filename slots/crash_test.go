@@ -18,9 +18,8 @@ type device struct {
 }
 
 // newDevice: a disk with a ring, and two sectors more on both sides.
-func newDevice(t *testing.T, ring int) device {
-	t.Helper()
-	return device{d: made(t, ring+4), base: 2, ring: ring}
+func newDevice(ring int) device {
+	return device{d: sample.Disk(ring + 4), base: 2, ring: ring}
 }
 
 func (v device) copy() device {
@@ -64,7 +63,7 @@ func TestP7_3CrashWithinTheThirdPut(t *testing.T) {
 		number uint32
 		word   uint64
 	}{{0, 0, 2, 9}, {0, all, 2, 9}, {1, 0, 2, 9}, {1, all - 1, 2, 9}, {1, 1, 3, 11}, {1, all, 3, 11}, {2, 0, 3, 11}, {2, all, 3, 11}} {
-		d := made(t, 4)
+		d := sample.Disk(4)
 		puts(t, d, 1, 2, 7)
 		puts(t, d, 1, 2, 9)
 		d.Fuse(c.ops)
@@ -79,7 +78,7 @@ func TestP7_3CrashWithinTheThirdPut(t *testing.T) {
 // A crash at each operation of each Put, and puts behind it, round the ring and over.
 func TestP7_3CrashAtEachOperation(t *testing.T) {
 	for ring := 2; ring <= 8; ring++ {
-		v := newDevice(t, ring)
+		v := newDevice(ring)
 		for i := range uint64(25) {
 			for ops := range 3 {
 				for mask := range uint64(2) {
@@ -103,7 +102,7 @@ func TestP7_3CrashAtEachOperation(t *testing.T) {
 func TestP7_3OthersAreCached(t *testing.T) {
 	for ring := 2; ring <= 8; ring++ {
 		for mask := range uint64(32) {
-			v := newDevice(t, ring)
+			v := newDevice(ring)
 			for i := range uint64(10) {
 				v.put(t, i)
 				for _, at := range []int{0, 1, ring + 2, ring + 3} {
@@ -127,7 +126,7 @@ func TestP7_3AllShortRuns(t *testing.T) {
 	}
 	for ring := 2; ring <= 4; ring++ {
 		for i := range 5 * 5 * 5 * 5 * 5 {
-			v := newDevice(t, ring)
+			v := newDevice(ring)
 			for k := range uint64(5) {
 				happen[i%5](&v, 10+k)
 				i /= 5
@@ -138,7 +137,7 @@ func TestP7_3AllShortRuns(t *testing.T) {
 
 func TestP7_3LongRuns(t *testing.T) {
 	for ring := 2; ring <= 8; ring++ {
-		v := newDevice(t, ring)
+		v := newDevice(ring)
 		for _, w := range sample.Words()[130:] {
 			switch w % 8 {
 			case 0, 1, 2:

@@ -23,29 +23,6 @@ var noRing = []int{math.MinInt, math.MinInt32, -1024, -9, -8, -2, -1, 0, 1, 9, 1
 // noBase: no ring begins there.
 var noBase = []int{math.MinInt, math.MinInt + 1, math.MinInt32, -1025, -8, -2, -1, api.MaxDisk + 1, 2 * api.MaxDisk, math.MaxInt32, math.MaxInt - 8, math.MaxInt - 1, math.MaxInt}
 
-// made: a new disk of n sectors.
-func made(t *testing.T, n int) *disk.Disk {
-	t.Helper()
-	d, e := disk.New(n)
-	if e != api.OK {
-		t.Fatalf("New(%d): %v", n, e)
-	}
-	return d
-}
-
-// lay: the sector is durable there, whoever wrote it.
-func lay(d *disk.Disk, at int, s api.Sector) {
-	d.Write(at, s)
-	d.Flush()
-}
-
-// broken: the disk, broken.
-func broken(d *disk.Disk) *disk.Disk {
-	d.Fuse(0)
-	d.Flush()
-	return d
-}
-
 // tells: are those the latest number and word, and is the disk as it was?
 func tells(t *testing.T, what string, d *disk.Disk, base, ring int, number uint32, word uint64) {
 	t.Helper()
@@ -122,12 +99,11 @@ func chance(w uint64, i, ring int) api.Sector {
 func sliced(s api.Sector) []byte { return s[:] }
 
 // mixed: disks with a ring of which each sector is of chance, the half of them flushed.
-func mixed(t *testing.T, try func(d *disk.Disk, base, ring int)) {
-	t.Helper()
+func mixed(try func(d *disk.Disk, base, ring int)) {
 	words := sample.Words()[130:]
 	for i := 0; i+8 <= len(words); i += 8 {
 		base, ring := i/8%7, 2+i/8%7
-		d := made(t, 16)
+		d := sample.Disk(16)
 		for k := range ring {
 			d.Write(base+k, chance(words[i+k], k, ring))
 			if words[i+k]>>60&1 == 0 {
@@ -200,7 +176,7 @@ func TestP7_1PlaceOfNoRing(t *testing.T) {
 
 // The first sentence of the chapter's example.
 func TestP7_1LatestOfTwo(t *testing.T) {
-	d := made(t, 8)
+	d := sample.Disk(8)
 	tells(t, "nothing put", d, 3, 2, 0, 0)
 	puts(t, d, 3, 2, 7)
 	tells(t, "7 put", d, 3, 2, 1, 7)
@@ -212,7 +188,7 @@ func TestP7_1LatestBehindEachPut(t *testing.T) {
 	words := sample.Words()
 	for ring := 2; ring <= 8; ring++ {
 		for _, c := range []struct{ size, base int }{{ring, 0}, {ring + 1, 0}, {ring + 1, 1}, {20, 5}, {20, 20 - ring}, {api.MaxDisk, 0}, {api.MaxDisk, api.MaxDisk - ring}} {
-			d := made(t, c.size)
+			d := sample.Disk(c.size)
 			tells(t, "nothing put", d, c.base, ring, 0, 0)
 			for i, word := range words[:40] {
 				puts(t, d, c.base, ring, word)
@@ -224,8 +200,8 @@ func TestP7_1LatestBehindEachPut(t *testing.T) {
 
 func TestP7_1NumberNought(t *testing.T) {
 	for ring := 2; ring <= 8; ring++ {
-		d := made(t, 10)
-		lay(d, 1, seal.Record(0, 77))
+		d := sample.Disk(10)
+		sample.Lay(d, 1, seal.Record(0, 77))
 		tells(t, "number 0 at its place", d, 1, ring, 0, 0)
 		puts(t, d, 1, ring, 5)
 		tells(t, "number 1 behind it", d, 1, ring, 1, 5)
@@ -236,8 +212,8 @@ func TestP7_1NotAtItsPlace(t *testing.T) {
 	for ring := 2; ring <= 8; ring++ {
 		for n := range uint32(20) {
 			for i := range ring {
-				d := made(t, 10)
-				lay(d, 1+i, seal.Record(n, 77))
+				d := sample.Disk(10)
+				sample.Lay(d, 1+i, seal.Record(n, 77))
 				if n > 0 && plainPlace(n, 1, ring) == 1+i {
 					tells(t, fmt.Sprintf("record %d in sector %d", n, 1+i), d, 1, ring, n, 77)
 				} else {
@@ -251,10 +227,10 @@ func TestP7_1NotAtItsPlace(t *testing.T) {
 // A record beside the ring is none of its own, even where it would be the next, or the one ahead.
 func TestP7_1BesideTheRing(t *testing.T) {
 	for ring := 2; ring <= 8; ring++ {
-		d := made(t, 12)
+		d := sample.Disk(12)
 		for n := range uint32(100) {
-			lay(d, 1, seal.Record(n, 77))
-			lay(d, 2+ring, seal.Record(n, 77))
+			sample.Lay(d, 1, seal.Record(n, 77))
+			sample.Lay(d, 2+ring, seal.Record(n, 77))
 			tells(t, fmt.Sprintf("record %d beside the ring", n), d, 2, ring, 0, 0)
 		}
 	}
@@ -263,25 +239,25 @@ func TestP7_1BesideTheRing(t *testing.T) {
 func TestP7_1NoRecord(t *testing.T) {
 	for ring := 2; ring <= 8; ring++ {
 		good := seal.Record(uint32(ring)+1, 77)
-		d := made(t, 10)
-		lay(d, 2, good)
+		d := sample.Disk(10)
+		sample.Lay(d, 2, good)
 		tells(t, "a record", d, 1, ring, uint32(ring)+1, 77)
 		for place := range api.SectorSize {
 			for bit := range 8 {
-				lay(d, 2, api.Sector(sample.Turned(good[:], place, 1<<bit)))
+				sample.Lay(d, 2, api.Sector(sample.Turned(good[:], place, 1<<bit)))
 				tells(t, "a record with a bit turned", d, 1, ring, 0, 0)
 			}
 		}
-		lay(d, 1, seal.Record(uint32(ring), 66))
+		sample.Lay(d, 1, seal.Record(uint32(ring), 66))
 		tells(t, "a record, and one with a bit turned", d, 1, ring, uint32(ring), 66)
 	}
 }
 
 func TestP7_1GreatestCounts(t *testing.T) {
 	for _, c := range []struct{ first, second uint32 }{{2, 1}, {2, 3}, {4, 1}, {100, 1}, {math.MaxInt32 + 1, math.MaxInt32}, {math.MaxInt32 - 1, math.MaxInt32}, {2, greatest}, {greatest - 1, greatest}, {greatest - 1, 1}, {1 << 31, 1}, {2, 1<<31 + 1}, {256, 255}, {65536, 65535}} {
-		d := made(t, 5)
-		lay(d, 2, seal.Record(c.first, 7))
-		lay(d, 3, seal.Record(c.second, 9))
+		d := sample.Disk(5)
+		sample.Lay(d, 2, seal.Record(c.first, 7))
+		sample.Lay(d, 3, seal.Record(c.second, 9))
 		number, word := c.first, uint64(7)
 		if c.second > c.first {
 			number, word = c.second, 9
@@ -291,18 +267,18 @@ func TestP7_1GreatestCounts(t *testing.T) {
 }
 
 func TestP7_1TheWordDoesNotCount(t *testing.T) {
-	d := made(t, 5)
-	lay(d, 2, seal.Record(4, 0))
-	lay(d, 3, seal.Record(3, all))
+	d := sample.Disk(5)
+	sample.Lay(d, 2, seal.Record(4, 0))
+	sample.Lay(d, 3, seal.Record(3, all))
 	tells(t, "4 with 0, 3 with all bits", d, 2, 2, 4, 0)
-	lay(d, 3, seal.Record(5, 0))
+	sample.Lay(d, 3, seal.Record(5, 0))
 	tells(t, "5 with 0", d, 2, 2, 5, 0)
 }
 
 // What is cached is what a disk tells of a sector, as long as no crash took it.
 func TestP7_1Cached(t *testing.T) {
-	d := made(t, 5)
-	lay(d, 2, seal.Record(2, 7))
+	d := sample.Disk(5)
+	sample.Lay(d, 2, seal.Record(2, 7))
 	d.Write(3, seal.Record(3, 9))
 	tells(t, "3 is cached", d, 2, 2, 3, 9)
 	d.Write(3, api.Sector{})
@@ -314,7 +290,7 @@ func TestP7_1Cached(t *testing.T) {
 }
 
 func TestP7_1WhateverTheSectorsHold(t *testing.T) {
-	mixed(t, func(d *disk.Disk, base, ring int) {
+	mixed(func(d *disk.Disk, base, ring int) {
 		number, word := plainLatest(d, base, ring)
 		tells(t, "sectors of chance", d, base, ring, number, word)
 	})
@@ -322,7 +298,7 @@ func TestP7_1WhateverTheSectorsHold(t *testing.T) {
 
 func TestP7_1LatestOfNoRing(t *testing.T) {
 	for _, size := range []int{1, 2, 8, 9, api.MaxDisk} {
-		d := made(t, size)
+		d := sample.Disk(size)
 		for at := range size {
 			d.Write(at, seal.Record(uint32(840+at), 7))
 		}
@@ -341,12 +317,12 @@ func TestP7_1LatestOfNoRing(t *testing.T) {
 
 func TestP7_1LatestOfABrokenDisk(t *testing.T) {
 	for ring := 2; ring <= 8; ring++ {
-		d := made(t, ring)
+		d := sample.Disk(ring)
 		puts(t, d, 0, ring, 7)
 		puts(t, d, 0, ring, 9)
 		d.Fuse(0)
 		tells(t, "no operation left", d, 0, ring, 2, 9)
-		tells(t, "broken", broken(d), 0, ring, 0, 0)
+		tells(t, "broken", sample.Broken(d), 0, ring, 0, 0)
 		d.Crash(all)
 		tells(t, "behind the crash", d, 0, ring, 2, 9)
 	}
@@ -364,7 +340,7 @@ func TestP7_2Put(t *testing.T) {
 			t.Errorf("Put(base %d, ring %d) behind record %d is not a Write of record %d, and a Flush", base, ring, n, n+1)
 		}
 	}
-	mixed(t, func(d *disk.Disk, base, ring int) {
+	mixed(func(d *disk.Disk, base, ring int) {
 		if n, _ := plainLatest(d, base, ring); n > greatest-20 {
 			return
 		}
@@ -381,7 +357,7 @@ func TestP7_2PutAtTheEnds(t *testing.T) {
 	for ring := 2; ring <= 8; ring++ {
 		for _, size := range []int{ring, ring + 1, 2*ring + 1, api.MaxDisk} {
 			for _, base := range []int{0, size - ring} {
-				d := made(t, size)
+				d := sample.Disk(size)
 				for n := uint32(1); n <= 20; n++ {
 					puts(t, d, base, ring, uint64(100+n))
 					if got := d.Durable(base + int(n)%ring); got != seal.Record(n, uint64(100+n)) || len(d.Cached()) != 0 || d.Ops() != 2*int(n) {
@@ -394,7 +370,7 @@ func TestP7_2PutAtTheEnds(t *testing.T) {
 }
 
 func TestP7_2RingsSideBySide(t *testing.T) {
-	d := made(t, 9)
+	d := sample.Disk(9)
 	for i := range uint64(30) {
 		puts(t, d, 0, 2, i)
 		puts(t, d, 2, 4, 100+i)
@@ -408,8 +384,8 @@ func TestP7_2RingsSideBySide(t *testing.T) {
 
 func TestP7_2GreatestNumber(t *testing.T) {
 	for ring := 2; ring <= 8; ring++ {
-		d := made(t, ring+2)
-		lay(d, plainPlace(greatest-2, 1, ring), seal.Record(greatest-2, 3))
+		d := sample.Disk(ring + 2)
+		sample.Lay(d, plainPlace(greatest-2, 1, ring), seal.Record(greatest-2, 3))
 		puts(t, d, 1, ring, 4)
 		tells(t, "one is left", d, 1, ring, greatest-1, 4)
 		puts(t, d, 1, ring, 5)
@@ -430,8 +406,8 @@ func TestP7_2GreatestNumberElsewhere(t *testing.T) {
 			if at == plainPlace(greatest, 1, ring) {
 				continue
 			}
-			d := made(t, ring+2)
-			lay(d, at, seal.Record(greatest, 3))
+			d := sample.Disk(ring + 2)
+			sample.Lay(d, at, seal.Record(greatest, 3))
 			puts(t, d, 1, ring, 4)
 			tells(t, "the greatest number elsewhere", d, 1, ring, 1, 4)
 		}
@@ -440,7 +416,7 @@ func TestP7_2GreatestNumberElsewhere(t *testing.T) {
 
 func TestP7_2NoRing(t *testing.T) {
 	for _, size := range []int{1, 2, 8, 9, api.MaxDisk} {
-		d := made(t, size)
+		d := sample.Disk(size)
 		d.Write(size-1, api.Sector{7})
 		what := fmt.Sprintf("of %d sectors", size)
 		for _, ring := range noRing {
@@ -459,7 +435,7 @@ func TestP7_2NoRing(t *testing.T) {
 func TestP7_2TheDiskBreaks(t *testing.T) {
 	for ring := 2; ring <= 8; ring++ {
 		for k := range 4 {
-			d := made(t, ring)
+			d := sample.Disk(ring)
 			puts(t, d, 0, ring, 7)
 			puts(t, d, 0, ring, 9)
 			want := d.Copy()
@@ -481,14 +457,14 @@ func TestP7_2TheDiskBreaks(t *testing.T) {
 
 func TestP7_2ErrorsInOrder(t *testing.T) {
 	for ring := 2; ring <= 8; ring++ {
-		d := made(t, ring)
-		lay(d, plainPlace(greatest, 0, ring), seal.Record(greatest, 3))
+		d := sample.Disk(ring)
+		sample.Lay(d, plainPlace(greatest, 0, ring), seal.Record(greatest, 3))
 		refuses(t, "no ring, no number", d, 0, ring+9, api.ErrArg)
 		refuses(t, "no base, no number", d, 1, ring, api.ErrArg)
 		d.Fuse(0)
 		refuses(t, "no number, no operation left", d, 0, ring, api.ErrRange)
 		refuses(t, "no ring, no number, no operation left", d, 0, 1, api.ErrArg)
-		broken(d)
+		sample.Broken(d)
 		refuses(t, "no number, broken", d, 0, ring, api.ErrDown)
 		refuses(t, "no ring, broken", d, 0, 9, api.ErrArg)
 		refuses(t, "no base, broken", d, -1, ring, api.ErrArg)
