@@ -55,49 +55,6 @@ func refuses(t *testing.T, what string, d *disk.Disk, base, ring int, want api.E
 	}
 }
 
-// plainPlace: where record n stands, by the chapter's words.
-func plainPlace(n uint32, base, ring int) int {
-	return base + int(int64(n)%int64(ring))
-}
-
-// plainLatest: the chapter's words for a ring of a disk that works.
-func plainLatest(d *disk.Disk, base, ring int) (uint32, uint64) {
-	var number uint32
-	var latest uint64
-	for at := base; at < base+ring; at++ {
-		s, _ := d.Read(at)
-		if n, word, ok := seal.Open(s); ok && n > 0 && plainPlace(n, base, ring) == at && n >= number {
-			number, latest = n, word
-		}
-	}
-	return number, latest
-}
-
-// chance: what a word of no pattern chooses for sector i of a ring: mostly a record at its place, of a number that is small, or great, or any.
-func chance(w uint64, i, ring int) api.Sector {
-	n := uint32(w>>8) % 30
-	switch w & 3 {
-	case 0:
-		n = uint32(w >> 8)
-	case 1:
-		n = greatest - 10 - n
-	}
-	switch w >> 2 & 15 {
-	case 0:
-		return api.Sector{}
-	case 1:
-		return api.Sector(sample.Turned(sliced(seal.Record(n, w)), int(w>>40)%16, 1<<(w>>50%8)))
-	case 2:
-		return seal.Record(0, w)
-	case 3:
-		return seal.Record(n, w)
-	}
-	return seal.Record(n-n%uint32(ring)+uint32(i), w)
-}
-
-// sliced: the bytes of a sector.
-func sliced(s api.Sector) []byte { return s[:] }
-
 // mixed: disks with a ring of which each sector is of chance, the half of them flushed.
 func mixed(try func(d *disk.Disk, base, ring int)) {
 	words := sample.Words()[130:]
@@ -105,7 +62,7 @@ func mixed(try func(d *disk.Disk, base, ring int)) {
 		base, ring := i/8%7, 2+i/8%7
 		d := sample.Disk(16)
 		for k := range ring {
-			d.Write(base+k, chance(words[i+k], k, ring))
+			d.Write(base+k, sample.RingSector(words[i+k], k, ring))
 			if words[i+k]>>60&1 == 0 {
 				d.Flush()
 			}
@@ -128,7 +85,7 @@ func TestP7_1Place(t *testing.T) {
 			}
 			for _, w := range sample.Words() {
 				n := uint32(w >> 16)
-				if got, want := slots.Place(n, base, ring), plainPlace(n, base, ring); got != want {
+				if got, want := slots.Place(n, base, ring), sample.RingPlace(n, base, ring); got != want {
 					t.Errorf("Place(%d, %d, %d): %d, want %d", n, base, ring, got, want)
 				}
 			}
@@ -214,7 +171,7 @@ func TestP7_1NotAtItsPlace(t *testing.T) {
 			for i := range ring {
 				d := sample.Disk(10)
 				sample.Lay(d, 1+i, seal.Record(n, 77))
-				if n > 0 && plainPlace(n, 1, ring) == 1+i {
+				if n > 0 && sample.RingPlace(n, 1, ring) == 1+i {
 					tells(t, fmt.Sprintf("record %d in sector %d", n, 1+i), d, 1, ring, n, 77)
 				} else {
 					tells(t, fmt.Sprintf("record %d in sector %d", n, 1+i), d, 1, ring, 0, 0)
@@ -291,7 +248,7 @@ func TestP7_1Cached(t *testing.T) {
 
 func TestP7_1WhateverTheSectorsHold(t *testing.T) {
 	mixed(func(d *disk.Disk, base, ring int) {
-		number, word := plainLatest(d, base, ring)
+		number, word := sample.RingLatest(d, base, ring)
 		tells(t, "sectors of chance", d, base, ring, number, word)
 	})
 }
@@ -332,8 +289,8 @@ func TestP7_1LatestOfABrokenDisk(t *testing.T) {
 func TestP7_2Put(t *testing.T) {
 	put := func(d *disk.Disk, base, ring int, word uint64) {
 		want := d.Copy()
-		n, _ := plainLatest(d, base, ring)
-		want.Write(plainPlace(n+1, base, ring), seal.Record(n+1, word))
+		n, _ := sample.RingLatest(d, base, ring)
+		want.Write(sample.RingPlace(n+1, base, ring), seal.Record(n+1, word))
 		want.Flush()
 		puts(t, d, base, ring, word)
 		if !sample.Alike(d, want) {
@@ -341,7 +298,7 @@ func TestP7_2Put(t *testing.T) {
 		}
 	}
 	mixed(func(d *disk.Disk, base, ring int) {
-		if n, _ := plainLatest(d, base, ring); n > greatest-20 {
+		if n, _ := sample.RingLatest(d, base, ring); n > greatest-20 {
 			return
 		}
 		for i, word := range []uint64{1, 0, all, 1 << 63, 7, 7, 7, 0, 0, 9} {
@@ -385,7 +342,7 @@ func TestP7_2RingsSideBySide(t *testing.T) {
 func TestP7_2GreatestNumber(t *testing.T) {
 	for ring := 2; ring <= 8; ring++ {
 		d := sample.Disk(ring + 2)
-		sample.Lay(d, plainPlace(greatest-2, 1, ring), seal.Record(greatest-2, 3))
+		sample.Lay(d, sample.RingPlace(greatest-2, 1, ring), seal.Record(greatest-2, 3))
 		puts(t, d, 1, ring, 4)
 		tells(t, "one is left", d, 1, ring, greatest-1, 4)
 		puts(t, d, 1, ring, 5)
@@ -403,7 +360,7 @@ func TestP7_2GreatestNumber(t *testing.T) {
 func TestP7_2GreatestNumberElsewhere(t *testing.T) {
 	for ring := 2; ring <= 8; ring++ {
 		for at := range ring + 2 {
-			if at == plainPlace(greatest, 1, ring) {
+			if at == sample.RingPlace(greatest, 1, ring) {
 				continue
 			}
 			d := sample.Disk(ring + 2)
@@ -458,7 +415,7 @@ func TestP7_2TheDiskBreaks(t *testing.T) {
 func TestP7_2ErrorsInOrder(t *testing.T) {
 	for ring := 2; ring <= 8; ring++ {
 		d := sample.Disk(ring)
-		sample.Lay(d, plainPlace(greatest, 0, ring), seal.Record(greatest, 3))
+		sample.Lay(d, sample.RingPlace(greatest, 0, ring), seal.Record(greatest, 3))
 		refuses(t, "no ring, no number", d, 0, ring+9, api.ErrArg)
 		refuses(t, "no base, no number", d, 1, ring, api.ErrArg)
 		d.Fuse(0)

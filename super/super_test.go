@@ -18,19 +18,6 @@ const (
 	greatest = math.MaxUint32
 )
 
-// plain: the greatest number of the superblock's records, and the word beside it, by the words of chapters 7 and 8, of a disk that works.
-func plain(d *disk.Disk) (uint32, uint64) {
-	var number uint32
-	var latest uint64
-	for at := range 2 {
-		s, _ := d.Read(at)
-		if n, word, ok := seal.Open(s); ok && n > number && int(n%2) == at {
-			number, latest = n, word
-		}
-	}
-	return number, latest
-}
-
 // tells: is that the boot, and is the disk as it was?
 func tells(t *testing.T, what string, d *disk.Disk, want uint32) {
 	t.Helper()
@@ -47,8 +34,8 @@ func tells(t *testing.T, what string, d *disk.Disk, want uint32) {
 func starts(t *testing.T, what string, d *disk.Disk, want uint32) {
 	t.Helper()
 	plainly := d.Copy()
-	n, _ := plain(d)
-	plainly.Write(int((n+1)%2), seal.Record(n+1, uint64(want)))
+	n, _ := sample.RingLatest(d, 0, 2)
+	plainly.Write(sample.RingPlace(n+1, 0, 2), seal.Record(n+1, uint64(want)))
 	plainly.Flush()
 	if got, e := super.Next(d); got != want || e != api.OK {
 		t.Errorf("%s: Next: %d, %v, want %d", what, got, e, want)

@@ -1,0 +1,50 @@
+package sample
+
+import (
+	"math"
+
+	"twain/api"
+	"twain/disk"
+	"twain/seal"
+)
+
+// RingPlace: where record n of a ring stands, by chapter 7's words.
+func RingPlace(n uint32, base, ring int) int {
+	return base + int(int64(n)%int64(ring))
+}
+
+// RingLatest: the number and the word of a ring's latest record, by chapter 7's words for a disk that works.
+func RingLatest(d *disk.Disk, base, ring int) (uint32, uint64) {
+	var number uint32
+	var latest uint64
+	for at := base; at < base+ring; at++ {
+		s, _ := d.Read(at)
+		if n, word, ok := seal.Open(s); ok && n > 0 && RingPlace(n, base, ring) == at && n >= number {
+			number, latest = n, word
+		}
+	}
+	return number, latest
+}
+
+// RingSector: what a word of no pattern chooses for sector i of a ring: mostly a record at its place, of a number that is small, or great, or any.
+func RingSector(w uint64, i, ring int) api.Sector {
+	n := uint32(w>>8) % 30
+	switch w & 3 {
+	case 0:
+		n = uint32(w >> 8)
+	case 1:
+		n = math.MaxUint32 - 10 - n
+	}
+	switch w >> 2 & 15 {
+	case 0:
+		return api.Sector{}
+	case 1:
+		good := seal.Record(n, w)
+		return api.Sector(Turned(good[:], int(w>>40)%16, 1<<(w>>50%8)))
+	case 2:
+		return seal.Record(0, w)
+	case 3:
+		return seal.Record(n, w)
+	}
+	return seal.Record(n-n%uint32(ring)+uint32(i), w)
+}

@@ -1,0 +1,65 @@
+package sample_test
+
+import (
+	"testing"
+
+	"twain/sample"
+	"twain/seal"
+)
+
+func TestRingPlace(t *testing.T) {
+	for _, c := range []struct {
+		n          uint32
+		base, ring int
+		want       int
+	}{{0, 2, 4, 2}, {1, 2, 4, 3}, {3, 2, 4, 5}, {4, 2, 4, 2}, {1<<32 - 1, 2, 4, 5}, {1<<32 - 1, 6, 2, 7}, {1<<32 - 2, 0, 7, 2}} {
+		if got := sample.RingPlace(c.n, c.base, c.ring); got != c.want {
+			t.Errorf("RingPlace(%d, %d, %d): %d, want %d", c.n, c.base, c.ring, got, c.want)
+		}
+	}
+}
+
+// Ahead of the ring, behind it, in another one of its sectors, and with the number 0, a record does not count.
+func TestRingLatest(t *testing.T) {
+	d := sample.Disk(8)
+	latest := func(number uint32, word uint64) {
+		t.Helper()
+		if n, w := sample.RingLatest(d, 2, 4); n != number || w != word {
+			t.Errorf("RingLatest: %d, %d, want %d, %d", n, w, number, word)
+		}
+	}
+	latest(0, 0)
+	sample.Lay(d, 1, seal.Record(7, 70))
+	sample.Lay(d, 6, seal.Record(8, 80))
+	sample.Lay(d, 2, seal.Record(0, 90))
+	sample.Lay(d, 3, seal.Record(4, 40))
+	latest(0, 0)
+	sample.Lay(d, 4, seal.Record(2, 20))
+	latest(2, 20)
+	d.Write(3, seal.Record(5, 0))
+	latest(5, 0)
+	d.Crash(0)
+	latest(2, 20)
+}
+
+// Of all that a sector may hold there is some.
+func TestRingSector(t *testing.T) {
+	var home, away, nought, none int
+	for i, w := range sample.Words() {
+		s := sample.RingSector(w, i%4, 4)
+		n, _, ok := seal.Open(s)
+		switch {
+		case !ok:
+			none++
+		case n == 0:
+			nought++
+		case int(n%4) == i%4:
+			home++
+		default:
+			away++
+		}
+	}
+	if home < 1000 || away < 50 || nought < 50 || none < 100 {
+		t.Errorf("RingSector: %d records at their place, %d elsewhere, %d of the number 0, and %d that are none", home, away, nought, none)
+	}
+}
