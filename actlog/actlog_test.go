@@ -38,8 +38,7 @@ func writes(t *testing.T, what string, d *disk.Disk, mask uint64) {
 	t.Helper()
 	want := d.Copy()
 	n, _ := latest(d)
-	want.Write(sample.RingPlace(n+1, 2, 4), seal.Record(n+1, mask))
-	want.Flush()
+	sample.RingPut(want, 2, 4, mask)
 	if e := actlog.Put(d, mask); e != api.OK {
 		t.Errorf("%s: Put(%#x): %v", what, mask, e)
 	}
@@ -359,14 +358,10 @@ func TestP10_1ABrokenDisk(t *testing.T) {
 // breaks: a Put with k operations left is a Write, and then a Flush, as far as they can be done.
 func breaks(t *testing.T, d *disk.Disk, k int, mask uint64) {
 	t.Helper()
-	n, _ := latest(d)
 	want := d.Copy()
 	d.Fuse(k)
 	want.Fuse(k)
-	wantE := want.Write(sample.RingPlace(n+1, 2, 4), seal.Record(n+1, mask))
-	if wantE == api.OK {
-		wantE = want.Flush()
-	}
+	wantE := sample.RingPut(want, 2, 4, mask)
 	if e := actlog.Put(d, mask); e != wantE || (e == api.ErrDown) != (k < 2) || !sample.Alike(d, want) {
 		t.Errorf("with %d operations left: Put(%#x): %v, want %v; Broken %v, Cached %v, Ops %d", k, mask, e, wantE, d.Broken(), d.Cached(), d.Ops())
 	}

@@ -26,6 +26,16 @@ func RingLatest(d *disk.Disk, base, ring int) (uint32, uint64) {
 	return number, latest
 }
 
+// RingPut: a Write of just the next record of a ring, and a Flush, as far as the disk can do them, by chapter 7's words for a disk that works and has the ring, and a number left.
+func RingPut(d *disk.Disk, base, ring int, word uint64) api.Errno {
+	n, _ := RingLatest(d, base, ring)
+	n++
+	if e := d.Write(RingPlace(n, base, ring), seal.Record(n, word)); e != api.OK {
+		return e
+	}
+	return d.Flush()
+}
+
 // RingSector: what a word of no pattern chooses for sector i of a ring: mostly a record at its place, of a number that is small, or great, or any.
 func RingSector(w uint64, i, ring int) api.Sector {
 	n := uint32(w>>8) % 30

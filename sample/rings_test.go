@@ -3,6 +3,7 @@ package sample_test
 import (
 	"testing"
 
+	"twain/api"
 	"twain/sample"
 	"twain/seal"
 )
@@ -40,6 +41,25 @@ func TestRingLatest(t *testing.T) {
 	latest(5, 0)
 	d.Crash(0)
 	latest(2, 20)
+}
+
+// The next record stands at its place, and all that is cached is flushed, as far as there are operations left.
+func TestRingPut(t *testing.T) {
+	for k := -1; k < 4; k++ {
+		d := sample.Disk(8)
+		sample.Lay(d, 4, seal.Record(2, 20))
+		d.Write(0, api.Sector{1})
+		want := d.Copy()
+		d.Fuse(k)
+		want.Fuse(k)
+		wantE := want.Write(5, seal.Record(3, 30))
+		if wantE == api.OK {
+			wantE = want.Flush()
+		}
+		if e := sample.RingPut(d, 2, 4, 30); e != wantE || (e == api.OK) != (k < 0 || k >= 2) || !sample.Alike(d, want) {
+			t.Errorf("RingPut with %d operations left: %v, want %v; Cached %v, Ops %d", k, e, wantE, d.Cached(), d.Ops())
+		}
+	}
 }
 
 // Of all that a sector may hold there is some.

@@ -290,8 +290,7 @@ func TestP7_2Put(t *testing.T) {
 	put := func(d *disk.Disk, base, ring int, word uint64) {
 		want := d.Copy()
 		n, _ := sample.RingLatest(d, base, ring)
-		want.Write(sample.RingPlace(n+1, base, ring), seal.Record(n+1, word))
-		want.Flush()
+		sample.RingPut(want, base, ring, word)
 		puts(t, d, base, ring, word)
 		if !sample.Alike(d, want) {
 			t.Errorf("Put(base %d, ring %d) behind record %d is not a Write of record %d, and a Flush", base, ring, n, n+1)

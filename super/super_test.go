@@ -35,8 +35,7 @@ func starts(t *testing.T, what string, d *disk.Disk, want uint32) {
 	t.Helper()
 	plainly := d.Copy()
 	n, _ := sample.RingLatest(d, 0, 2)
-	plainly.Write(sample.RingPlace(n+1, 0, 2), seal.Record(n+1, uint64(want)))
-	plainly.Flush()
+	sample.RingPut(plainly, 0, 2, uint64(want))
 	if got, e := super.Next(d); got != want || e != api.OK {
 		t.Errorf("%s: Next: %d, %v, want %d", what, got, e, want)
 	}
