@@ -6,52 +6,18 @@ import (
 
 	"twain/api"
 	"twain/bits"
+	"twain/sample"
 	"twain/span"
 )
 
 // most: the greatest Off and Len of a plain span.
-const most = 1 << 30
-
-// fitting: what Off and Len may be, at the ends and at the borders of extents and of the data area.
-var fitting = []int{0, 1, 2, 3, 4, 5, 7, 8, 9, 63, 64, 65, 251, 252, 253, 255, 256, 257, 260, 511, 512, most / 2, most - 257, most - 4, most - 1, most}
-
-// outside: what neither Off nor Len may be, by a little, and at the ends of an int.
-var outside = []int{-1, -2, -4, -256, -most, -most - 1, math.MinInt32, math.MinInt64 + 1, math.MinInt64, most + 1, most + 2, 2 * most, math.MaxInt32, 1 << 32, 1<<32 + 1, 1 << 62, math.MaxInt64 - 1, math.MaxInt64}
-
-// plain: all spans of offs and lens that fit.
-func plain() []api.Span { return crossed(fitting, fitting) }
-
-// broken: spans of which Off, Len or both are outside.
-func broken() []api.Span {
-	list := append(crossed(outside, fitting), crossed(fitting, outside)...)
-	return append(list, crossed(outside, outside)...)
-}
-
-// small: all plain spans near the first sectors, those of no sector among them.
-func small() []api.Span {
-	few := []int{0, 1, 2, 3, 4, 5, 6, 7, 8, 9, 10, 11, 12}
-	return crossed(few, few)
-}
-
-// crossed: the spans of each of the offs with each of the lens.
-func crossed(offs, lens []int) []api.Span {
-	var list []api.Span
-	for _, off := range offs {
-		for _, n := range lens {
-			list = append(list, api.Span{Off: off, Len: n})
-		}
-	}
-	return list
-}
-
-// in: is sector n in the plain span?
-func in(s api.Span, n int) bool { return n >= s.Off && n-s.Off < s.Len }
+const most = sample.MostSectors
 
 // sectors: the set of the sectors of a small span.
 func sectors(s api.Span) uint64 {
 	var set uint64
 	for n := range 64 {
-		if in(s, n) {
+		if sample.InSpan(s, n) {
 			set = bits.With(set, n)
 		}
 	}
@@ -59,12 +25,12 @@ func sectors(s api.Span) uint64 {
 }
 
 func TestP4_1Plain(t *testing.T) {
-	for _, s := range plain() {
+	for _, s := range sample.Spans() {
 		if !span.Plain(s) {
 			t.Errorf("Plain(%v): false", s)
 		}
 	}
-	for _, s := range broken() {
+	for _, s := range sample.NoSpans() {
 		if span.Plain(s) {
 			t.Errorf("Plain(%v): true", s)
 		}
@@ -100,7 +66,7 @@ func TestP4_1End(t *testing.T) {
 			t.Errorf("End(%v): %d, want %d", c.s, got, c.want)
 		}
 	}
-	for _, s := range plain() {
+	for _, s := range sample.Spans() {
 		if got := span.End(s); got-s.Off != s.Len {
 			t.Errorf("End(%v): %d", s, got)
 		}
@@ -108,7 +74,7 @@ func TestP4_1End(t *testing.T) {
 }
 
 func TestP4_1EndOfOneThatIsNotPlain(t *testing.T) {
-	for _, s := range broken() {
+	for _, s := range sample.NoSpans() {
 		if got := span.End(s); got != 0 {
 			t.Errorf("End(%v): %d, want 0", s, got)
 		}
@@ -150,7 +116,7 @@ func TestP4_1Good(t *testing.T) {
 }
 
 func TestP4_1GoodJustWhereItsLastSectorIs(t *testing.T) {
-	for _, s := range plain() {
+	for _, s := range sample.Spans() {
 		end := s.Off + s.Len
 		for _, n := range []int{math.MinInt, -end, -1, 0, s.Off, s.Len, end - 1, end, end + 1, math.MaxInt} {
 			want := s.Len != 0 && n > end-1
@@ -162,9 +128,9 @@ func TestP4_1GoodJustWhereItsLastSectorIs(t *testing.T) {
 }
 
 func TestP4_1NoOtherOneIsGood(t *testing.T) {
-	list := broken()
-	for _, off := range fitting {
-		list = append(list, api.Span{Off: off}) // plain, but of no sector
+	list := sample.NoSpans()
+	for _, s := range sample.Spans() {
+		list = append(list, api.Span{Off: s.Off}) // plain, but of no sector
 	}
 	for _, s := range list {
 		for _, n := range []int{math.MinInt, -1, 0, 1, 16, 256, most, 2 * most, math.MaxInt} {
@@ -186,19 +152,19 @@ func TestP4_1NothingMeetsOneThatIsNotPlain(t *testing.T) {
 		}
 	}
 	others := []api.Span{{}, {Off: 0, Len: 1}, {Off: 1, Len: 1}, {Off: 4, Len: 4}, {Len: most}, {Off: most, Len: 1}, {Off: most, Len: most}}
-	for _, s := range broken() {
+	for _, s := range sample.NoSpans() {
 		for _, other := range others {
 			none(s, other)
 			none(other, s)
 		}
-		for _, other := range broken() {
+		for _, other := range sample.NoSpans() {
 			none(s, other)
 		}
 	}
 }
 
 func TestP4_1NoExtentsOfOneThatIsNotPlain(t *testing.T) {
-	for _, s := range broken() {
+	for _, s := range sample.NoSpans() {
 		if got := span.Extents(s); got != 0 {
 			t.Errorf("Extents(%v): %#x, want none", s, got)
 		}
@@ -265,8 +231,8 @@ func TestP4_2Pairs(t *testing.T) {
 }
 
 func TestP4_2SectorBySector(t *testing.T) {
-	for _, a := range small() {
-		for _, b := range small() {
+	for _, a := range sample.SmallSpans(13) {
+		for _, b := range sample.SmallSpans(13) {
 			both := sectors(a) & sectors(b)
 			if got := span.Overlap(a, b); got != (both != 0) {
 				t.Fatalf("Overlap(%v, %v): %v", a, b, got)
@@ -287,13 +253,13 @@ func TestP4_2SectorBySector(t *testing.T) {
 
 // What is in two rows begins with the first sector of one of them, so that no other one need be asked for.
 func TestP4_2SpansOfAnySize(t *testing.T) {
-	for _, a := range plain() {
-		for _, b := range plain() {
-			want := in(a, a.Off) && in(b, a.Off) || in(a, b.Off) && in(b, b.Off)
+	for _, a := range sample.Spans() {
+		for _, b := range sample.Spans() {
+			want := sample.InSpan(a, a.Off) && sample.InSpan(b, a.Off) || sample.InSpan(a, b.Off) && sample.InSpan(b, b.Off)
 			if got := span.Overlap(a, b); got != want {
 				t.Fatalf("Overlap(%v, %v): %v", a, b, got)
 			}
-			within := b.Len > 0 && in(a, b.Off) && in(a, b.Off+b.Len-1)
+			within := b.Len > 0 && sample.InSpan(a, b.Off) && sample.InSpan(a, b.Off+b.Len-1)
 			if got := span.Holds(a, b); got != within {
 				t.Fatalf("Holds(%v, %v): %v", a, b, got)
 			}
@@ -310,7 +276,7 @@ func TestP4_2SpansOfAnySize(t *testing.T) {
 
 // justBoth: are the first and the last sector of s in both spans, and those beside them not?
 func justBoth(a, b, s api.Span) bool {
-	both := func(n int) bool { return in(a, n) && in(b, n) }
+	both := func(n int) bool { return sample.InSpan(a, n) && sample.InSpan(b, n) }
 	end := s.Off + s.Len
 	return s.Len > 0 && both(s.Off) && both(end-1) && !both(s.Off-1) && !both(end)
 }
@@ -362,7 +328,7 @@ func TestP4_3Extents(t *testing.T) {
 func extents(s api.Span) uint64 {
 	var set uint64
 	for n := range 256 {
-		if in(s, n) {
+		if sample.InSpan(s, n) {
 			set = bits.With(set, n/4)
 		}
 	}
@@ -370,7 +336,7 @@ func extents(s api.Span) uint64 {
 }
 
 func TestP4_3ExtentsSectorBySector(t *testing.T) {
-	list := plain()
+	list := sample.Spans()
 	for off := range 270 {
 		for _, n := range []int{0, 1, 2, 3, 4, 5, 6, 7, 8, 9, 16, 17} {
 			list = append(list, api.Span{Off: off, Len: n})
@@ -399,7 +365,7 @@ func TestP4_3Whole(t *testing.T) {
 }
 
 func TestP4_3WholeOfNoExtent(t *testing.T) {
-	for _, e := range append([]int{64, 65, 127, 128, 255, 256, 1 << 61, 1 << 62, 1<<62 + 1}, outside...) {
+	for _, e := range []int{math.MinInt, math.MinInt + 1, math.MinInt32, -most - 1, -most, -256, -4, -2, -1, 64, 65, 127, 128, 255, 256, most + 1, most + 2, 2 * most, math.MaxInt32, 1 << 32, 1<<32 + 1, 1 << 61, 1 << 62, 1<<62 + 1, math.MaxInt - 1, math.MaxInt} {
 		if got := span.Whole(e); got != (api.Span{}) {
 			t.Errorf("Whole(%d): %v, want the zero span", e, got)
 		}
@@ -407,7 +373,7 @@ func TestP4_3WholeOfNoExtent(t *testing.T) {
 }
 
 func TestP4_4TwoOverlapJustIfTheirMeetingHasASector(t *testing.T) {
-	list := append(plain(), broken()...)
+	list := append(sample.Spans(), sample.NoSpans()...)
 	for _, a := range list {
 		for _, b := range list {
 			both, _ := span.Meet(a, b)

@@ -1,0 +1,251 @@
+package itree_test
+
+import (
+	"fmt"
+	"slices"
+	"testing"
+
+	"twain/api"
+	"twain/itree"
+	"twain/sample"
+)
+
+// most: the greatest Off and Len of a plain span.
+const most = sample.MostSectors
+
+// entry is a span under its id.
+type entry struct {
+	s  api.Span
+	id int
+}
+
+// aheadOf: does a stand ahead of b: by Off, then Len, then the id?
+func (a entry) aheadOf(b entry) bool {
+	if a.s.Off != b.s.Off {
+		return a.s.Off < b.s.Off
+	}
+	if a.s.Len != b.s.Len {
+		return a.s.Len < b.s.Len
+	}
+	return a.id < b.id
+}
+
+// may: is s plain, and has it a sector?
+func may(s api.Span) bool { return s.Off >= 0 && s.Off <= most && s.Len >= 1 && s.Len <= most }
+
+// meet: is there a sector in both? The first one of those in both is the first one of one of them.
+func meet(a, b api.Span) bool {
+	first := max(a.Off, b.Off)
+	return may(a) && may(b) && sample.InSpan(a, first) && sample.InSpan(b, first)
+}
+
+// plain is what a tree has by the chapter's words: a list that is kept in order.
+type plain struct{ list []entry }
+
+// place: where the entry stands in the list, or would stand, and whether it does.
+func (p *plain) place(e entry) (int, bool) {
+	at := 0
+	for at < len(p.list) && p.list[at].aheadOf(e) {
+		at++
+	}
+	return at, at < len(p.list) && p.list[at] == e
+}
+
+func (p *plain) insert(e entry) bool {
+	at, there := p.place(e)
+	if there || !may(e.s) {
+		return false
+	}
+	p.list = slices.Insert(p.list, at, e)
+	return true
+}
+
+func (p *plain) remove(e entry) bool {
+	at, there := p.place(e)
+	if there {
+		p.list = slices.Delete(p.list, at, at+1)
+	}
+	return there
+}
+
+func (p *plain) overlaps(s api.Span) []int {
+	var ids []int
+	for _, e := range p.list {
+		if meet(e.s, s) {
+			ids = append(ids, e.id)
+		}
+	}
+	return ids
+}
+
+func (p *plain) ids() []int {
+	var ids []int
+	for _, e := range p.list {
+		ids = append(ids, e.id)
+	}
+	return ids
+}
+
+// digits: how many bits the number has, in binary.
+func digits(n int) int {
+	count := 0
+	for n > 0 {
+		n /= 2
+		count++
+	}
+	return count
+}
+
+// pair is a tree, and the plain list that it is held against.
+type pair struct {
+	x *itree.Tree
+	p *plain
+}
+
+func both() pair { return pair{itree.New(), &plain{}} }
+
+// of: a pair that has the entries, put in one behind the other.
+func of(t *testing.T, entries ...entry) pair {
+	t.Helper()
+	a := both()
+	for _, e := range entries {
+		a.insert(t, e)
+	}
+	return a
+}
+
+// tells: do Len, Ids and Height tell what the plain list has?
+func (a pair) tells(t *testing.T, what string) {
+	t.Helper()
+	n := len(a.p.list)
+	if got := a.x.Len(); got != n {
+		t.Fatalf("%s: Len %d, want %d", what, got, n)
+	}
+	if got, want := a.x.Ids(), a.p.ids(); !slices.Equal(got, want) {
+		t.Fatalf("%s: Ids %v, want %v", what, got, want)
+	}
+	// Below a span there are two ways at most, so fewer than so many on the longest one would have no room for all.
+	if got := a.x.Height(); got < digits(n) || got > 2*digits(n+1) {
+		t.Fatalf("%s: Height %d of %d spans", what, got, n)
+	}
+}
+
+// finds: do Overlaps and Any tell what the plain list has, for each span asked for?
+func (a pair) finds(t *testing.T, what string, asked ...api.Span) {
+	t.Helper()
+	for _, s := range asked {
+		want := a.p.overlaps(s)
+		if got := a.x.Overlaps(s); !slices.Equal(got, want) {
+			t.Fatalf("%s: Overlaps(%v): %v, want %v", what, s, got, want)
+		}
+		if got := a.x.Any(s); got != (len(want) > 0) {
+			t.Fatalf("%s: Any(%v): %v, want %v", what, s, got, len(want) > 0)
+		}
+	}
+}
+
+// near: spans that begin and end at, within and beside that one, and whatever lies ahead of it or behind it.
+func near(s api.Span) []api.Span {
+	end := s.Off + s.Len
+	return []api.Span{
+		s,
+		{Off: s.Off, Len: 1},
+		{Off: end - 1, Len: 1},
+		{Off: s.Off - 1, Len: 1},
+		{Off: s.Off - 1, Len: 2},
+		{Off: end - 1, Len: 2},
+		{Off: end, Len: 1},
+		{Off: s.Off + s.Len/2, Len: 1},
+		{Off: s.Off - 1, Len: s.Len + 2},
+		{Off: 0, Len: s.Off},
+		{Off: end, Len: most},
+		{Off: 0, Len: most},
+		{Off: s.Off},
+	}
+}
+
+// insert: an Insert, and all that is told behind it.
+func (a pair) insert(t *testing.T, e entry) bool {
+	t.Helper()
+	what := fmt.Sprintf("of %d, Insert(%v, %d)", len(a.p.list), e.s, e.id)
+	want := a.p.insert(e)
+	if got := a.x.Insert(e.s, e.id); got != want {
+		t.Fatalf("%s: %v, want %v", what, got, want)
+	}
+	a.tells(t, what)
+	a.finds(t, what, near(e.s)...)
+	return want
+}
+
+// remove: a Delete, and all that is told behind it.
+func (a pair) remove(t *testing.T, e entry) bool {
+	t.Helper()
+	what := fmt.Sprintf("of %d, Delete(%v, %d)", len(a.p.list), e.s, e.id)
+	want := a.p.remove(e)
+	if got := a.x.Delete(e.s, e.id); got != want {
+		t.Fatalf("%s: %v, want %v", what, got, want)
+	}
+	a.tells(t, what)
+	a.finds(t, what, near(e.s)...)
+	return want
+}
+
+// goes: is the entry put in, or taken out, and was it not there ahead, or there?
+func (a pair) goes(t *testing.T, call func(*testing.T, entry) bool, e entry, want bool) {
+	t.Helper()
+	if got := call(t, e); got != want {
+		t.Fatalf("%v: %v, want %v", e, got, want)
+	}
+}
+
+// orders: all orders of the numbers below n.
+func orders(n int) [][]int {
+	if n == 0 {
+		return [][]int{nil}
+	}
+	var all [][]int
+	for _, order := range orders(n - 1) {
+		for at := range n {
+			all = append(all, slices.Insert(slices.Clone(order), at, n-1))
+		}
+	}
+	return all
+}
+
+// rising: n entries in their order, some of which have a neighbour's Off, or its whole span; each Off ahead of which some end, and some do not.
+func rising(n int) []entry {
+	list := make([]entry, n)
+	for i := range list {
+		list[i] = entry{api.Span{Off: i / 3 * 5, Len: 3 + i%3/2*7}, i}
+	}
+	return list
+}
+
+// mixed: the entries, in an order without a pattern.
+func mixed(entries []entry) []entry {
+	list := slices.Clone(entries)
+	for i, w := range sample.Words()[130:][:len(list)] {
+		j := int(w >> 20 % uint64(i+1))
+		list[i], list[j] = list[j], list[i]
+	}
+	return list
+}
+
+// falling: the entries, the last one first.
+func falling(entries []entry) []entry {
+	list := slices.Clone(entries)
+	slices.Reverse(list)
+	return list
+}
+
+// inward: the entries, from both ends in turn.
+func inward(entries []entry) []entry {
+	var list []entry
+	for low, high := 0, len(entries)-1; low <= high; low, high = low+1, high-1 {
+		list = append(list, entries[low])
+		if low < high {
+			list = append(list, entries[high])
+		}
+	}
+	return list
+}

@@ -1,0 +1,67 @@
+package sample_test
+
+import (
+	"math"
+	"slices"
+	"testing"
+
+	"twain/api"
+	"twain/sample"
+)
+
+// may: are both numbers those of a plain span?
+func may(s api.Span) bool {
+	return min(s.Off, s.Len) >= 0 && max(s.Off, s.Len) <= 1073741824
+}
+
+// The ends are among them, and no others than the name says.
+func TestSpans(t *testing.T) {
+	plain, not := sample.Spans(), sample.NoSpans()
+	for _, s := range plain {
+		if !may(s) {
+			t.Errorf("Spans: %v is not plain", s)
+		}
+	}
+	for _, s := range not {
+		if may(s) {
+			t.Errorf("NoSpans: %v is plain", s)
+		}
+	}
+	const most = 1073741824
+	for _, s := range []api.Span{{}, {Off: 0, Len: 1}, {Off: 0, Len: most}, {Off: most, Len: 0}, {Off: most, Len: 1}, {Off: most, Len: most}} {
+		if !slices.Contains(plain, s) {
+			t.Errorf("Spans: %v is not there", s)
+		}
+	}
+	for _, s := range []api.Span{{Off: -1, Len: 1}, {Off: 1, Len: -1}, {Off: most + 1, Len: 1}, {Off: 1, Len: most + 1}, {Off: math.MinInt, Len: math.MinInt}, {Off: math.MaxInt, Len: math.MaxInt}, {Off: math.MaxInt, Len: 1}} {
+		if !slices.Contains(not, s) {
+			t.Errorf("NoSpans: %v is not there", s)
+		}
+	}
+}
+
+func TestSmallSpans(t *testing.T) {
+	if got, want := sample.SmallSpans(2), []api.Span{{}, {Len: 1}, {Off: 1}, {Off: 1, Len: 1}}; !slices.Equal(got, want) {
+		t.Errorf("SmallSpans(2): %v, want %v", got, want)
+	}
+	if got := sample.SmallSpans(13); len(got) != 169 || got[168] != (api.Span{Off: 12, Len: 12}) {
+		t.Errorf("SmallSpans(13): %v", got)
+	}
+	for _, n := range []int{0, -1, math.MinInt} {
+		if got := sample.SmallSpans(n); len(got) != 0 {
+			t.Errorf("SmallSpans(%d): %v", n, got)
+		}
+	}
+}
+
+func TestInSpan(t *testing.T) {
+	s := api.Span{Off: 3, Len: 2}
+	for sector, want := range map[int]bool{-1: false, 0: false, 2: false, 3: true, 4: true, 5: false, math.MaxInt: false} {
+		if got := sample.InSpan(s, sector); got != want {
+			t.Errorf("InSpan(%v, %d): %v, want %v", s, sector, got, want)
+		}
+	}
+	if sample.InSpan(api.Span{Off: 3}, 3) || !sample.InSpan(api.Span{Off: 1 << 30, Len: 1 << 30}, 1<<31-1) {
+		t.Errorf("InSpan of none, or of the greatest")
+	}
+}
