@@ -146,7 +146,7 @@ func TestP14_1TheOrder(t *testing.T) {
 		{api.Span{Off: 4, Len: 8}, 0},
 		{api.Span{Off: 5, Len: 1}, -9},
 	}
-	for _, order := range orders(len(entries)) {
+	for _, order := range sample.Orders(len(entries)) {
 		x := itree.New()
 		for _, i := range order {
 			x.Insert(entries[i].s, entries[i].id)
@@ -164,7 +164,7 @@ func TestP14_1TheOrder(t *testing.T) {
 func TestP14_1IdsAtTheEnds(t *testing.T) {
 	ends := []int{math.MinInt, math.MinInt + 1, -1, 0, 1, math.MaxInt - 1, math.MaxInt}
 	s := api.Span{Off: 1, Len: 2}
-	for _, order := range orders(len(ends)) {
+	for _, order := range sample.Orders(len(ends)) {
 		x := itree.New()
 		for _, i := range order {
 			answers(t, fmt.Sprintf("Insert under %d", ends[i]), x.Insert(s, ends[i]), true)
@@ -254,7 +254,7 @@ func TestP14_2EachSmallSpan(t *testing.T) {
 
 // Twice the number of bits of Len + 1, behind every call, whatever the order.
 func TestP14_2Height(t *testing.T) {
-	ways := map[string]func([]entry) []entry{"rising": slices.Clone[[]entry], "falling": falling, "inward": inward, "mixed": mixed}
+	ways := sample.WaysThrough[entry]()
 	entries := rising(700)
 	for in, put := range ways {
 		for out, take := range ways {
@@ -342,7 +342,7 @@ func TestP14_1WrongSpans(t *testing.T) {
 	for _, off := range []int{0, 1, 2, 3, 10, 11, 100, most - 1, most} {
 		wrong = append(wrong, api.Span{Off: off})
 	}
-	full := of(t, mixed(rising(40))...)
+	full := of(t, sample.Mixed(rising(40))...)
 	full.goes(t, full.insert, entry{api.Span{Len: most}, 0}, true)
 	full.goes(t, full.insert, entry{api.Span{Off: most, Len: most}, 1}, true)
 	for _, a := range []pair{both(), of(t, entry{api.Span{Off: 0, Len: 1}, 0}), full} {
@@ -393,8 +393,8 @@ func TestR3Answers(t *testing.T) {
 }
 
 func TestR4TreesGoTheirOwnWays(t *testing.T) {
-	one, other := of(t, rising(20)...), of(t, falling(rising(30))...)
-	for _, e := range mixed(rising(30)) {
+	one, other := of(t, rising(20)...), of(t, sample.Falling(rising(30))...)
+	for _, e := range sample.Mixed(rising(30)) {
 		one.remove(t, e)
 		other.tells(t, "the other")
 		other.insert(t, entry{e.s, -e.id - 1})

@@ -198,54 +198,11 @@ func (a pair) goes(t *testing.T, call func(*testing.T, entry) bool, e entry, wan
 	}
 }
 
-// orders: all orders of the numbers below n.
-func orders(n int) [][]int {
-	if n == 0 {
-		return [][]int{nil}
-	}
-	var all [][]int
-	for _, order := range orders(n - 1) {
-		for at := range n {
-			all = append(all, slices.Insert(slices.Clone(order), at, n-1))
-		}
-	}
-	return all
-}
-
 // rising: n entries in their order, some of which have a neighbour's Off, or its whole span; each Off ahead of which some end, and some do not.
 func rising(n int) []entry {
 	list := make([]entry, n)
 	for i := range list {
 		list[i] = entry{api.Span{Off: i / 3 * 5, Len: 3 + i%3/2*7}, i}
-	}
-	return list
-}
-
-// mixed: the entries, in an order without a pattern.
-func mixed(entries []entry) []entry {
-	list := slices.Clone(entries)
-	for i, w := range sample.Words()[130:][:len(list)] {
-		j := int(w >> 20 % uint64(i+1))
-		list[i], list[j] = list[j], list[i]
-	}
-	return list
-}
-
-// falling: the entries, the last one first.
-func falling(entries []entry) []entry {
-	list := slices.Clone(entries)
-	slices.Reverse(list)
-	return list
-}
-
-// inward: the entries, from both ends in turn.
-func inward(entries []entry) []entry {
-	var list []entry
-	for low, high := 0, len(entries)-1; low <= high; low, high = low+1, high-1 {
-		list = append(list, entries[low])
-		if low < high {
-			list = append(list, entries[high])
-		}
 	}
 	return list
 }

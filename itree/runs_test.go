@@ -2,7 +2,6 @@ package itree_test
 
 import (
 	"fmt"
-	"slices"
 	"testing"
 
 	"twain/api"
@@ -18,8 +17,8 @@ func TestP14_1AllShortRuns(t *testing.T) {
 		{api.Span{Off: 2, Len: 3}, 2},
 		{api.Span{Off: 5, Len: 2}, 0},
 	}
-	for _, in := range orders(5) {
-		for _, out := range orders(5) {
+	for _, in := range sample.Orders(5) {
+		for _, out := range sample.Orders(5) {
 			a := both()
 			for _, i := range in {
 				a.goes(t, a.insert, five[i], true)
@@ -43,7 +42,7 @@ func TestP14_1EachOneTakenOut(t *testing.T) {
 		{api.Span{Off: 8, Len: 2}, 0},
 		{api.Span{Off: 9, Len: 1}, 0},
 	}
-	for _, in := range orders(7) {
+	for _, in := range sample.Orders(7) {
 		a := both()
 		for _, i := range in {
 			a.p.insert(seven[i])
@@ -59,7 +58,7 @@ func TestP14_1EachOneTakenOut(t *testing.T) {
 
 // Some hundreds, put in and taken out in each order, with all asked for behind each call, and then once more.
 func TestP14_1LongRuns(t *testing.T) {
-	ways := map[string]func([]entry) []entry{"rising": slices.Clone[[]entry], "falling": falling, "mixed": mixed, "inward": inward}
+	ways := sample.WaysThrough[entry]()
 	entries := rising(240)
 	for in, put := range ways {
 		for out, take := range ways {

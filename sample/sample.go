@@ -1,4 +1,4 @@
-// Package sample has what the tests of several layers need: inputs that they try, disks, whether two disks are alike, and the rings on them by plain words. No layer calls it.
+// Package sample has what the tests of several layers need: inputs that they try and orders to try them in, disks, whether two disks are alike, and the rings on them by plain words. No layer calls it.
 package sample
 
 import (

@@ -1,0 +1,65 @@
+package sample_test
+
+import (
+	"slices"
+	"testing"
+
+	"twain/sample"
+)
+
+func TestOrders(t *testing.T) {
+	for n, want := range []int{1, 1, 2, 6, 24, 120} {
+		all := sample.Orders(n)
+		slices.SortFunc(all, slices.Compare[[]int])
+		all = slices.CompactFunc(all, slices.Equal[[]int])
+		if len(all) != want {
+			t.Errorf("Orders(%d): %d of them differ, want %d", n, len(all), want)
+		}
+		for _, order := range all {
+			slices.Sort(order)
+			if len(order) != n || n > 0 && (order[0] != 0 || order[n-1] != n-1 || len(slices.Compact(order)) != n) {
+				t.Errorf("Orders(%d): %v is none", n, order)
+			}
+		}
+	}
+	if got := sample.Orders(-1); len(got) != 1 || len(got[0]) != 0 {
+		t.Errorf("Orders(-1): %v", got)
+	}
+}
+
+// Each way has the whole list, in new memory, and each of them another order.
+func TestWaysThrough(t *testing.T) {
+	ways := sample.WaysThrough[int]()
+	for n := range 40 {
+		list := make([]int, n)
+		for i := range list {
+			list[i] = i
+		}
+		was := slices.Clone(list)
+		for name, way := range ways {
+			got := way(list)
+			for other, second := range ways {
+				if n > 3 && other != name && slices.Equal(second(list), got) {
+					t.Errorf("%s and %s of %v are the same: %v", name, other, list, got)
+				}
+			}
+			if !slices.Equal(way(list), got) {
+				t.Errorf("%s of %v: %v, then another one", name, list, got)
+			}
+			slices.Sort(got)
+			if !slices.Equal(got, was) {
+				t.Errorf("%s of %v: it has %v", name, was, got)
+			}
+			for i := range got {
+				got[i] = -1
+			}
+			if !slices.Equal(list, was) {
+				t.Fatalf("%s of %v: the list became %v", name, was, list)
+			}
+		}
+	}
+	five := []int{1, 2, 3, 4, 5}
+	if rising, falling, inward := ways["rising"](five), ways["falling"](five), ways["inward"](five); !slices.Equal(rising, five) || !slices.Equal(falling, []int{5, 4, 3, 2, 1}) || !slices.Equal(inward, []int{1, 5, 2, 4, 3}) {
+		t.Errorf("rising %v, falling %v, inward %v", rising, falling, inward)
+	}
+}
