@@ -290,10 +290,10 @@ func TestP14_3FoundUntilTakenOut(t *testing.T) {
 		for _, asked := range all {
 			got := x.Overlaps(asked)
 			for id, s := range all {
-				if want := there[id] && meet(s, asked); slices.Contains(got, id) != want {
+				if want := there[id] && sample.InBoth(s, asked); slices.Contains(got, id) != want {
 					t.Fatalf("Overlaps(%v): %v; %d, %v, is among them: %v", asked, got, id, s, !want)
 				}
-				if there[id] && meet(s, asked) && !x.Any(asked) {
+				if there[id] && sample.InBoth(s, asked) && !x.Any(asked) {
 					t.Fatalf("Any(%v): false, though %v is there", asked, s)
 				}
 			}

@@ -33,12 +33,6 @@ func (a entry) aheadOf(b entry) bool {
 // may: is s plain, and has it a sector?
 func may(s api.Span) bool { return s.Off >= 0 && s.Off <= most && s.Len >= 1 && s.Len <= most }
 
-// meet: is there a sector in both? The first one of those in both is the first one of one of them.
-func meet(a, b api.Span) bool {
-	first := max(a.Off, b.Off)
-	return may(a) && may(b) && sample.InSpan(a, first) && sample.InSpan(b, first)
-}
-
 // plain is what a tree has by the chapter's words: a list that is kept in order.
 type plain struct{ list []entry }
 
@@ -71,7 +65,7 @@ func (p *plain) remove(e entry) bool {
 func (p *plain) overlaps(s api.Span) []int {
 	var ids []int
 	for _, e := range p.list {
-		if meet(e.s, s) {
+		if sample.InBoth(e.s, s) {
 			ids = append(ids, e.id)
 		}
 	}

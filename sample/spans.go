@@ -41,6 +41,17 @@ func CrossedSpans(offs, lens []int) []api.Span {
 // InSpan: is the sector in the plain span?
 func InSpan(s api.Span, sector int) bool { return sector >= s.Off && sector-s.Off < s.Len }
 
+// InBoth: is there a sector in both spans? None is in a span that is not plain. The first one of those in both is the first one of one of them.
+func InBoth(a, b api.Span) bool {
+	first := max(a.Off, b.Off)
+	return isPlain(a) && isPlain(b) && InSpan(a, first) && InSpan(b, first)
+}
+
+// isPlain: are both numbers those of a plain span?
+func isPlain(s api.Span) bool {
+	return min(s.Off, s.Len) >= 0 && max(s.Off, s.Len) <= MostSectors
+}
+
 // fitting: what Off and Len may be.
 func fitting() []int {
 	const most = MostSectors

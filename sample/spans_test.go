@@ -65,3 +65,30 @@ func TestInSpan(t *testing.T) {
 		t.Errorf("InSpan of none, or of the greatest")
 	}
 }
+
+// Sector by sector for small spans; at the greatest, and of those that are not plain, as it must be.
+func TestInBoth(t *testing.T) {
+	for _, a := range sample.SmallSpans(6) {
+		for _, b := range sample.SmallSpans(6) {
+			want := false
+			for sector := range 12 {
+				want = want || sample.InSpan(a, sector) && sample.InSpan(b, sector)
+			}
+			if got := sample.InBoth(a, b); got != want {
+				t.Errorf("InBoth(%v, %v): %v, want %v", a, b, got, want)
+			}
+		}
+	}
+	const most = 1073741824
+	all := api.Span{Off: 0, Len: most}
+	for s, want := range map[api.Span]bool{{Off: most - 1, Len: 1}: true, {Off: most, Len: 1}: false, {Off: most, Len: most}: false, {Off: most - 1, Len: most}: true} {
+		if sample.InBoth(all, s) != want || sample.InBoth(s, all) != want {
+			t.Errorf("InBoth of %v and %v: not %v", all, s, want)
+		}
+	}
+	for _, s := range sample.NoSpans() {
+		if sample.InBoth(s, all) || sample.InBoth(all, s) || sample.InBoth(s, s) {
+			t.Errorf("InBoth of %v, which is not plain: true", s)
+		}
+	}
+}
