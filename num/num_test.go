@@ -19,16 +19,6 @@ func wide() []uint64 {
 	return append(sample.Words(), 255, 258, 1<<16-1, 1<<31-1, 1<<32-1, 1<<63-1, 0x0102030405060708, 0xf1e2d3c4b5a69788)
 }
 
-// lowest: the size lowest bytes of n, the highest first, by division alone.
-func lowest(n uint64, size int) []byte {
-	list := make([]byte, size)
-	for i := range list {
-		list[size-1-i] = byte(n % 256)
-		n /= 256
-	}
-	return list
-}
-
 // starts: what stands ahead of a number that is put.
 func starts() [][]byte {
 	return [][]byte{nil, {}, {0}, {255}, {1, 2, 3}, bytes.Repeat([]byte{9, 0, 255}, 100)}
@@ -68,7 +58,7 @@ func TestP2_1Put(t *testing.T) {
 	for _, p := range putters() {
 		for _, start := range starts() {
 			for _, n := range wide() {
-				want := append(bytes.Clone(start), lowest(n, p.size)...)
+				want := append(bytes.Clone(start), sample.HighestFirst(n, p.size)...)
 				if got := p.put(start, n); !bytes.Equal(got, want) {
 					t.Fatalf("%s(%v, %#x): %v, want %v", p.name, start, n, got, want)
 				}
@@ -142,10 +132,7 @@ func TestP2_1PutAnswersNewMemory(t *testing.T) {
 			room := make([]byte, used, used+20)
 			a, b := p.put(room, 1), p.put(room, 2)
 			want := bytes.Clone(b)
-			spare := a[:cap(a)]
-			for i := range spare {
-				spare[i] = 77
-			}
+			sample.Spoil(a)
 			if !bytes.Equal(room[:cap(room)], make([]byte, used+20)) {
 				t.Errorf("%s behind %d bytes: an answer that is changed shows in what was handed in: %v", p.name, used, room[:cap(room)])
 			}
@@ -159,7 +146,7 @@ func TestP2_1PutAnswersNewMemory(t *testing.T) {
 func TestP2_1Get(t *testing.T) {
 	for _, g := range getters() {
 		for _, n := range wide() {
-			list := lowest(n, g.size)
+			list := sample.HighestFirst(n, g.size)
 			want := n << (64 - 8*g.size) >> (64 - 8*g.size)
 			for range 10 { // just as many bytes, then more and more of them
 				if got, ok := g.get(list); got != want || !ok {

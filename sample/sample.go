@@ -1,4 +1,4 @@
-// Package sample has what the tests of several layers need: inputs that they try and orders to try them in, disks, whether two disks are alike, and the rings on them by plain words. No layer calls it.
+// Package sample has what the tests of several layers need: inputs that they try and orders to try them in, whether memory is shared, disks, whether two disks are alike, and the rings on them by plain words. No layer calls it.
 package sample
 
 import (
@@ -21,6 +21,16 @@ func Bytes(n int) []byte {
 	list := make([]byte, n)
 	for i, x := range mixed(n) {
 		list[i] = byte(x >> 32)
+	}
+	return list
+}
+
+// HighestFirst: the size lowest bytes of n, the highest first, by division alone.
+func HighestFirst(n uint64, size int) []byte {
+	list := make([]byte, size)
+	for i := range list {
+		list[size-1-i] = byte(n % 256)
+		n /= 256
 	}
 	return list
 }

@@ -157,25 +157,17 @@ func TestP5_1BytesAndTheRoomBehindThemStayAsTheyWere(t *testing.T) {
 	}
 }
 
-// fill: all of the list, and of the room behind it, becomes 77.
-func fill(b []byte) {
-	b = b[:cap(b)]
-	for i := range b {
-		b[i] = 77
-	}
-}
-
 func TestP5_1WhatIsHandedInMayBeChangedBehindTheCall(t *testing.T) {
 	for used := range 20 {
 		b := sample.Bytes(40)[:used]
 		put := seal.Put(b)
-		fill(b)
+		sample.Spoil(b)
 		want := sealed(sample.Bytes(40)[:used])
 		if !bytes.Equal(put, want) {
 			t.Errorf("Put of %d bytes, and they are changed: %v, was %v", used, put, want)
 		}
 		got, _ := seal.Get(put)
-		fill(put)
+		sample.Spoil(put)
 		if want := sample.Bytes(40)[:used]; !bytes.Equal(got, want) {
 			t.Errorf("Get of %d bytes, and they are changed: %v, was %v", used, got, want)
 		}
@@ -186,7 +178,7 @@ func TestP5_1AnswersAreNewMemory(t *testing.T) {
 	for used := range 20 {
 		room := sample.Bytes(40)
 		a, b := seal.Put(room[:used]), seal.Put(room[:used])
-		fill(a)
+		sample.Spoil(a)
 		if want := sample.Bytes(40); !bytes.Equal(room, want) {
 			t.Errorf("Put's answer of %d bytes is changed, and what was handed in is %v", used, room)
 		}
@@ -196,7 +188,7 @@ func TestP5_1AnswersAreNewMemory(t *testing.T) {
 		}
 		one, _ := seal.Get(b)
 		two, _ := seal.Get(b)
-		fill(one)
+		sample.Spoil(one)
 		if !bytes.Equal(b, want) {
 			t.Errorf("Get's answer of %d bytes is changed, and what was handed in is %v, was %v", used, b, want)
 		}

@@ -458,21 +458,15 @@ func TestP16_2AllGoOn(t *testing.T) {
 	}
 }
 
-// filled: the list, with room behind its end in which the thing stands so many times, and the whole memory.
-func filled[T any](list []T, thing T, room int) ([]T, []T) {
-	memory := append(slices.Clone(list), slices.Repeat([]T{thing}, room)...)
-	return memory[:len(list)], memory
-}
-
 // The lists stay as they were, with the room behind their ends, and what stands in that room counts for nothing, not even at places that it has.
 func TestR3WhatIsHandedIn(t *testing.T) {
 	words := sample.Words()[130:]
 	for n := range 12 {
 		for _, room := range []int{0, 1, 7} {
 			for _, sectors := range []int{8, 64} {
-				l, wholeL := filled(several(words[n*9:], n, sectors), item(1, api.Read, far), room)
-				flying, wholeFlying := filled(several(words[n*9+100:], n/3, sectors), item(math.MinInt, api.Write, at(0, 2*sectors)), room)
-				later, wholeLater := filled([]api.Span{within, beside}[:n%3], at(0, 2*sectors), room)
+				l, wholeL := sample.WithRoom(several(words[n*9:], n, sectors), item(1, api.Read, far), room)
+				flying, wholeFlying := sample.WithRoom(several(words[n*9+100:], n/3, sectors), item(math.MinInt, api.Write, at(0, 2*sectors)), room)
+				later, wholeLater := sample.WithRoom([]api.Span{within, beside}[:n%3], at(0, 2*sectors), room)
 				wasL, wasFlying, wasLater := slices.Clone(wholeL), slices.Clone(wholeFlying), slices.Clone(wholeLater)
 				c := scene{l, flying, later}
 				c.asked(t)

@@ -1,0 +1,236 @@
+package pack_test
+
+import (
+	"bytes"
+	"math"
+	"testing"
+
+	"twain/api"
+	"twain/pack"
+	"twain/sample"
+)
+
+// greatestId is the last Id that may be.
+const greatestId = 72057594037927935
+
+// isGood: Good by the chapter's words, one kind behind the other, with the limits' numbers written out.
+func isGood(m api.Message) bool {
+	isId := m.Id >= 1 && m.Id <= greatestId
+	isExtent := m.Off >= 0 && m.Off <= 63
+	noGreet := !m.Was && m.Mask == 0
+	switch m.Kind {
+	case 1:
+		return m.Id == 0 && m.Off == 0 && len(m.Data) == 0
+	case 2:
+		sectors := map[int]int{16: 1, 32: 2, 48: 3, 64: 4, 80: 5, 96: 6, 112: 7, 128: 8}
+		return noGreet && isId && m.Off >= 0 && m.Off <= 255 && sectors[len(m.Data)] > 0
+	case 3, 4, 5:
+		return noGreet && isId && m.Off == 0 && len(m.Data) == 0
+	case 6:
+		return noGreet && m.Id == 0 && isExtent && len(m.Data) == 64
+	case 7:
+		return noGreet && m.Id == 0 && isExtent && len(m.Data) == 0
+	case 8:
+		return noGreet && m.Id == 0 && m.Off == 0 && len(m.Data) == 0
+	}
+	return false
+}
+
+// bytesOf: Bytes by the chapter's words of a message that is good.
+func bytesOf(m api.Message) []byte {
+	list := []byte{byte(m.Kind)}
+	switch m.Kind {
+	case 1:
+		was := map[bool]byte{false: 0, true: 1}[m.Was]
+		list = append(append(list, was), sample.HighestFirst(m.Mask, 8)...)
+	case 2:
+		list = append(append(list, sample.HighestFirst(uint64(m.Id), 8)...), sample.HighestFirst(uint64(m.Off), 2)...)
+	case 3, 4, 5:
+		list = append(list, sample.HighestFirst(uint64(m.Id), 8)...)
+	case 6, 7:
+		list = append(list, sample.HighestFirst(uint64(m.Off), 2)...)
+	}
+	return append(list, m.Data...)
+}
+
+// headSize: how many bytes the kind, and the numbers of a message of that kind, need.
+func headSize(kind byte) int {
+	switch kind {
+	case 1:
+		return 10
+	case 2:
+		return 11
+	case 3, 4, 5:
+		return 9
+	case 6, 7:
+		return 3
+	}
+	return 1
+}
+
+// number: the number of those bytes, the highest first, by multiplication alone.
+func number(b []byte) uint64 {
+	var n uint64
+	for _, x := range b {
+		n = n*256 + uint64(x)
+	}
+	return n
+}
+
+// parsed: Parse by the chapter's words.
+func parsed(b []byte) (api.Message, api.Errno) {
+	switch {
+	case len(b) > 200:
+		return api.Message{}, api.ErrLong
+	case len(b) == 0 || len(b) < headSize(b[0]):
+		return api.Message{}, api.ErrShort
+	}
+	m := api.Message{Kind: int(b[0]), Data: b[headSize(b[0]):]}
+	switch m.Kind {
+	case 1:
+		if b[1] > 1 {
+			return api.Message{}, api.ErrBad
+		}
+		m.Was, m.Mask = b[1] == 1, number(b[2:10])
+	case 2:
+		m.Id, m.Off = int(number(b[1:9])), int(number(b[9:11]))
+	case 3, 4, 5:
+		m.Id = int(number(b[1:9]))
+	case 6, 7:
+		m.Off = int(number(b[1:3]))
+	}
+	if !isGood(m) {
+		return api.Message{}, api.ErrBad
+	}
+	return m, api.OK
+}
+
+// alike: have two messages the same fields, Data byte by byte? It is asked by what == tells of each field, so that no test of Parse hangs on Same.
+func alike(a, b api.Message) bool {
+	type plain struct {
+		kind, id, off int
+		mask          uint64
+		was           bool
+		data          string
+	}
+	return plain{a.Kind, a.Id, a.Off, a.Mask, a.Was, string(a.Data)} == plain{b.Kind, b.Id, b.Off, b.Mask, b.Was, string(b.Data)}
+}
+
+// kinds: all eight.
+func kinds() []int { return []int{1, 2, 3, 4, 5, 6, 7, 8} }
+
+// noKinds: numbers that are none of the eight; many have a kind's lowest byte, or its lowest bits.
+func noKinds() []int {
+	list := []int{0, -1, -2, -8, 9, 10, 16, 255, 256, 512, 1 << 16, 1 << 31, 1 << 32, math.MaxInt32, math.MinInt32, math.MaxInt - 1, math.MaxInt, math.MinInt}
+	for _, kind := range kinds() {
+		list = append(list, -kind, 16+kind, 128+kind, 256+kind, 1<<16+kind, 1<<32+kind, 1<<62+kind, kind-256, math.MinInt+kind)
+	}
+	return list
+}
+
+// ids: those that may be, at both ends and with all bytes unlike, and those that may not.
+func ids() []int {
+	return []int{1, 2, 5, 255, 256, 1 << 24, 1<<31 - 1, 1 << 31, 1<<32 - 1, 1 << 32, 0x0102030405060708 % (1 << 56), greatestId - 1, greatestId, 0, -1, -5, math.MinInt32, -greatestId, math.MinInt + 1, math.MinInt, greatestId + 1, greatestId + 2, 1 << 57, math.MaxInt - 1, math.MaxInt}
+}
+
+// offs: those at and beside the ends of a data area and of its extents, those whose lowest 16 bits may be, and those at the ends of an int.
+func offs() []int {
+	return []int{0, 1, 3, 62, 63, 64, 65, 128, 254, 255, 256, 257, 65535, 65536, 65537, 65536 + 63, 1 << 32, 1<<32 + 1, math.MaxInt - 1, math.MaxInt, -1, -2, -63, -256, -65536, math.MinInt + 1, math.MinInt}
+}
+
+// sizes: of Data: each number of whole sectors up to more than there may be, and one byte more and one fewer; in all more than a message has, and none.
+func sizes() []int {
+	list := []int{0, 1, 2, 8, 199, 200, 201, 1000, 4096}
+	for sectors := 1; sectors <= 17; sectors++ {
+		list = append(list, 16*sectors-1, 16*sectors, 16*sectors+1)
+	}
+	return list
+}
+
+// masks: none, one bit at either end, all, and some of no pattern.
+func masks() []uint64 {
+	return []uint64{0, 1, 1 << 63, math.MaxUint64, 0x0102030405060708, 0xf1e2d3c4b5a69788}
+}
+
+// messages: of that kind, whatever it has, all fields crossed.
+func messages(kind int, ids, offs, sizes []int, masks []uint64) []api.Message {
+	var list []api.Message
+	for _, id := range ids {
+		for _, off := range offs {
+			for _, size := range sizes {
+				for _, mask := range masks {
+					for _, was := range []bool{false, true} {
+						list = append(list, api.Message{Kind: kind, Id: id, Off: off, Mask: mask, Was: was, Data: sample.Bytes(size)})
+					}
+				}
+			}
+		}
+	}
+	return list
+}
+
+// goods: messages of each kind that may be, with each edge of what they have, and Data of noughts, of 255s and of no pattern.
+func goods() []api.Message {
+	list := []api.Message{{Kind: 8}}
+	for _, m := range masks() {
+		list = append(list, api.Message{Kind: 1, Mask: m}, api.Message{Kind: 1, Mask: m, Was: true})
+	}
+	for _, id := range ids()[:13] {
+		for _, kind := range []int{3, 4, 5} {
+			list = append(list, api.Message{Kind: kind, Id: id})
+		}
+		for _, off := range []int{0, 1, 254, 255} {
+			for size := 16; size <= 128; size += 16 {
+				for _, data := range [][]byte{make([]byte, size), bytes.Repeat([]byte{255}, size), sample.Bytes(size)} {
+					list = append(list, api.Message{Kind: 2, Id: id, Off: off, Data: data})
+				}
+			}
+		}
+	}
+	for off := range 64 {
+		list = append(list, api.Message{Kind: 7, Off: off})
+		for _, data := range [][]byte{make([]byte, 64), bytes.Repeat([]byte{255}, 64), sample.Bytes(64)} {
+			list = append(list, api.Message{Kind: 6, Off: off, Data: data})
+		}
+	}
+	return list
+}
+
+// looked: are Good and Bytes of a message as the chapter's words tell?
+func looked(t *testing.T, m api.Message) bool {
+	t.Helper()
+	want := isGood(m)
+	if got := pack.Good(m); got != want {
+		t.Fatalf("Good(%+v): %v, want %v", m, got, want)
+	}
+	b := pack.Bytes(m)
+	if !want && b != nil {
+		t.Fatalf("Bytes(%+v): %v, want nil", m, b)
+	}
+	if want && !bytes.Equal(b, bytesOf(m)) {
+		t.Fatalf("Bytes(%+v): %v, want %v", m, b, bytesOf(m))
+	}
+	return want
+}
+
+// read: is Parse's answer as the chapter's words tell? Of bytes that are a message, they are its bytes.
+func read(t *testing.T, b []byte) api.Errno {
+	t.Helper()
+	want, wantE := parsed(b)
+	got, e := pack.Parse(b)
+	if e != wantE || !alike(got, want) {
+		t.Fatalf("Parse(%v): %+v, %v, want %+v, %v", b, got, e, want, wantE)
+	}
+	if back := pack.Bytes(got); e == api.OK && !bytes.Equal(back, b) {
+		t.Fatalf("Parse(%v): %+v, whose Bytes are %v", b, got, back)
+	}
+	return e
+}
+
+// refused: is Parse's answer that error alone?
+func refused(t *testing.T, b []byte, want api.Errno) {
+	t.Helper()
+	if got, e := pack.Parse(b); e != want || !alike(got, api.Message{}) {
+		t.Fatalf("Parse(%v): %+v, %v, want the zero one, %v", b, got, e, want)
+	}
+}
