@@ -250,25 +250,6 @@ func TestP3_2AllListsOfTwoBytesHaveSumsOfTheirOwn(t *testing.T) {
 	}
 }
 
-// rank: how many of the words are no xor of others of them.
-func rank(words []uint32) int {
-	n := 0
-	for bit := uint32(1 << 31); bit != 0; bit /= 2 {
-		at := slices.IndexFunc(words[n:], func(w uint32) bool { return w&bit != 0 })
-		if at < 0 {
-			continue
-		}
-		words[n], words[n+at] = words[n+at], words[n]
-		for i := n + 1; i < len(words); i++ {
-			if words[i]&bit != 0 {
-				words[i] ^= words[n]
-			}
-		}
-		n++
-	}
-	return n
-}
-
 // By what a sum is another one when bits are turned is the xor of that of each bit alone. Where no xor of some of the 32 bits of four bytes is 0, no other four bytes can have the same sum.
 func TestP3_2NoOtherFourBytesHaveTheSameSum(t *testing.T) {
 	for _, size := range []int{4, 5, 8, 64, 512} {
@@ -281,7 +262,7 @@ func TestP3_2NoOtherFourBytesHaveTheSameSum(t *testing.T) {
 			if mask := uint32(turn); crc.Sum(b)^crc.Sum(sample.Turned(b, place, mask)) != xored(words, mask) {
 				t.Fatalf("of %d bytes, those from %d on turned by %#x: the sum is not turned by each bit alone", size, place, mask)
 			}
-			if got := rank(words); got != 32 {
+			if got := sample.Rank(words); got != 32 {
 				t.Fatalf("of %d bytes, those from %d on: the 32 bits turn a sum in %d ways that are no xor of others", size, place, got)
 			}
 		}

@@ -68,15 +68,6 @@ func headSize(kind byte) int {
 	return 1
 }
 
-// number: the number of those bytes, the highest first, by multiplication alone.
-func number(b []byte) uint64 {
-	var n uint64
-	for _, x := range b {
-		n = n*256 + uint64(x)
-	}
-	return n
-}
-
 // parsed: Parse by the chapter's words.
 func parsed(b []byte) (api.Message, api.Errno) {
 	switch {
@@ -91,13 +82,13 @@ func parsed(b []byte) (api.Message, api.Errno) {
 		if b[1] > 1 {
 			return api.Message{}, api.ErrBad
 		}
-		m.Was, m.Mask = b[1] == 1, number(b[2:10])
+		m.Was, m.Mask = b[1] == 1, sample.Number(b[2:10])
 	case 2:
-		m.Id, m.Off = int(number(b[1:9])), int(number(b[9:11]))
+		m.Id, m.Off = int(sample.Number(b[1:9])), int(sample.Number(b[9:11]))
 	case 3, 4, 5:
-		m.Id = int(number(b[1:9]))
+		m.Id = int(sample.Number(b[1:9]))
 	case 6, 7:
-		m.Off = int(number(b[1:3]))
+		m.Off = int(sample.Number(b[1:3]))
 	}
 	if !isGood(m) {
 		return api.Message{}, api.ErrBad

@@ -38,15 +38,3 @@ func TestWithRoom(t *testing.T) {
 		}
 	}
 }
-
-func TestHighestFirst(t *testing.T) {
-	for _, c := range []struct {
-		n    uint64
-		size int
-		want []byte
-	}{{258, 2, []byte{1, 2}}, {258, 1, []byte{2}}, {258, 4, []byte{0, 0, 1, 2}}, {0x0102030405060708, 8, []byte{1, 2, 3, 4, 5, 6, 7, 8}}, {1<<64 - 1, 8, bytes.Repeat([]byte{255}, 8)}, {7, 0, nil}} {
-		if got := sample.HighestFirst(c.n, c.size); !bytes.Equal(got, c.want) {
-			t.Errorf("HighestFirst(%d, %d): %v, want %v", c.n, c.size, got, c.want)
-		}
-	}
-}

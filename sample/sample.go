@@ -5,6 +5,7 @@ import (
 	"bytes"
 	"iter"
 	"math"
+	"slices"
 )
 
 // Words: the ends, each bit alone, each missing alone, and many words of no pattern; the same ones at each call.
@@ -35,6 +36,15 @@ func HighestFirst(n uint64, size int) []byte {
 	return list
 }
 
+// Number: the number of those bytes, the highest first, by multiplication alone.
+func Number(b []byte) uint64 {
+	var n uint64
+	for _, x := range b {
+		n = n*256 + uint64(x)
+	}
+	return n
+}
+
 // Lists: none, few and many bytes, all 0, all 255, and of no pattern.
 func Lists() [][]byte {
 	all := [][]byte{nil, {}, []byte("123456789"), {1}, {127}, {128}}
@@ -55,9 +65,21 @@ func Turned(b []byte, place int, mask uint32) []byte {
 }
 
 // Others: b with some bytes within four side by side turned, at its beginning, within and at its end, each time others.
-func Others(b []byte) iter.Seq[[]byte] {
+func Others(b []byte) iter.Seq[[]byte] { return othersAt(b, places(len(b))) }
+
+// OthersEverywhere: as Others, but turned at each place.
+func OthersEverywhere(b []byte) iter.Seq[[]byte] {
+	var all []int
+	for place := range b {
+		all = append(all, place)
+	}
+	return othersAt(b, all)
+}
+
+// othersAt: b with some bytes turned, within four from each of the places on, each time others.
+func othersAt(b []byte, places []int) iter.Seq[[]byte] {
 	return func(yield func([]byte) bool) {
-		for _, place := range places(len(b)) {
+		for _, place := range places {
 			for _, mask := range masks() {
 				if other := Turned(b, place, mask); !bytes.Equal(other, b) && !yield(other) {
 					return
@@ -65,6 +87,26 @@ func Others(b []byte) iter.Seq[[]byte] {
 			}
 		}
 	}
+}
+
+// Rank: how many of the words are no xor of others of them.
+func Rank(words []uint32) int {
+	words = slices.Clone(words)
+	n := 0
+	for bit := uint32(1 << 31); bit != 0; bit /= 2 {
+		at := slices.IndexFunc(words[n:], func(w uint32) bool { return w&bit != 0 })
+		if at < 0 {
+			continue
+		}
+		words[n], words[n+at] = words[n+at], words[n]
+		for i := n + 1; i < len(words); i++ {
+			if words[i]&bit != 0 {
+				words[i] ^= words[n]
+			}
+		}
+		n++
+	}
+	return n
 }
 
 // places: where bytes are turned in a list of that size. All of the last eight are among them: four may be a sum, and then four over its border are turned, too.

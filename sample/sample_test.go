@@ -1,0 +1,85 @@
+package sample_test
+
+import (
+	"bytes"
+	"slices"
+	"testing"
+
+	"twain/sample"
+)
+
+func TestHighestFirst(t *testing.T) {
+	for _, c := range []struct {
+		n    uint64
+		size int
+		want []byte
+	}{{258, 2, []byte{1, 2}}, {258, 1, []byte{2}}, {258, 4, []byte{0, 0, 1, 2}}, {0x0102030405060708, 8, []byte{1, 2, 3, 4, 5, 6, 7, 8}}, {1<<64 - 1, 8, bytes.Repeat([]byte{255}, 8)}, {7, 0, nil}} {
+		if got := sample.HighestFirst(c.n, c.size); !bytes.Equal(got, c.want) {
+			t.Errorf("HighestFirst(%d, %d): %v, want %v", c.n, c.size, got, c.want)
+		}
+	}
+}
+
+func TestNumber(t *testing.T) {
+	for _, c := range []struct {
+		b    []byte
+		want uint64
+	}{{nil, 0}, {[]byte{7}, 7}, {[]byte{1, 2}, 258}, {[]byte{0, 0, 1, 2}, 258}, {[]byte{1, 2, 3, 4, 5, 6, 7, 8}, 0x0102030405060708}, {bytes.Repeat([]byte{255}, 8), 1<<64 - 1}} {
+		if got := sample.Number(c.b); got != c.want {
+			t.Errorf("Number(%v): %d, want %d", c.b, got, c.want)
+		}
+	}
+}
+
+// turned: how many there are of each place at which the first byte is turned. Each is as long as b, is another one, and differs within four side by side.
+func turned(t *testing.T, b []byte, others func(func([]byte) bool)) map[int]int {
+	t.Helper()
+	count := map[int]int{}
+	for other := range others {
+		var at []int
+		for i := range b {
+			if other[i] != b[i] {
+				at = append(at, i)
+			}
+		}
+		if len(other) != len(b) || len(at) == 0 || at[len(at)-1]-at[0] > 3 {
+			t.Fatalf("of %v: %v, turned at %v", b, other, at)
+		}
+		count[at[0]]++
+	}
+	return count
+}
+
+func TestOthers(t *testing.T) {
+	for _, size := range []int{0, 1, 2, 3, 4, 5, 12, 13, 40} {
+		b := sample.Bytes(size)
+		some, all := turned(t, b, sample.Others(b)), turned(t, b, sample.OthersEverywhere(b))
+		for place := range size {
+			if all[place] < 100 {
+				t.Errorf("OthersEverywhere of %d bytes: %d are turned from %d on", size, all[place], place)
+			}
+			if (place < 4 || place >= size-8) && some[place] < 100 {
+				t.Errorf("Others of %d bytes: %d are turned from %d on", size, some[place], place)
+			}
+		}
+		if !bytes.Equal(b, sample.Bytes(size)) {
+			t.Errorf("of %d bytes: they became %v", size, b)
+		}
+	}
+}
+
+func TestRank(t *testing.T) {
+	var bits []uint32
+	for bit := range 32 {
+		bits = append(bits, 1<<bit)
+	}
+	for _, c := range []struct {
+		words []uint32
+		want  int
+	}{{nil, 0}, {[]uint32{0}, 0}, {[]uint32{5}, 1}, {[]uint32{5, 5, 0}, 1}, {[]uint32{5, 3}, 2}, {[]uint32{5, 3, 6}, 2}, {[]uint32{5, 3, 4}, 3}, {[]uint32{1 << 31, 1<<31 + 1, 1}, 2}, {bits, 32}, {append(slices.Clone(bits), 9, 1<<32-1), 32}, {bits[3:], 29}} {
+		was := slices.Clone(c.words)
+		if got := sample.Rank(c.words); got != c.want || !slices.Equal(c.words, was) {
+			t.Errorf("Rank(%v): %d, want %d; the words became %v", was, got, c.want, c.words)
+		}
+	}
+}
