@@ -3,10 +3,10 @@ package sample
 import "slices"
 
 // Spoil: all of the list, and of the room behind its end, becomes 77. What shares memory with it shows that.
-func Spoil(b []byte) {
-	b = b[:cap(b)]
-	for i := range b {
-		b[i] = 77
+func Spoil[T byte | int](list []T) {
+	list = list[:cap(list)]
+	for i := range list {
+		list[i] = 77
 	}
 }
 

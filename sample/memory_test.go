@@ -14,7 +14,13 @@ func TestSpoil(t *testing.T) {
 	if want := []byte{1, 77, 77, 77, 5}; !bytes.Equal(memory, want) {
 		t.Errorf("Spoil: %v, want %v", memory, want)
 	}
-	sample.Spoil(nil)
+	numbers := []int{-1, 2, 3}
+	sample.Spoil(numbers[:1:2])
+	if want := []int{77, 77, 3}; !slices.Equal(numbers, want) {
+		t.Errorf("Spoil: %v, want %v", numbers, want)
+	}
+	sample.Spoil[byte](nil)
+	sample.Spoil[int](nil)
 }
 
 // The list and the whole memory are the same one, and another one than that which was handed in.
