@@ -106,7 +106,7 @@ func TestP19_1New(t *testing.T) {
 		stands(t, o, 1, "", false)
 		pushes(t, o, "a", 1, true)
 	}
-	for _, window := range append(ends(), 0, -1, -2, -api.MaxWindow, api.MaxWindow+1, 2*api.MaxWindow) {
+	for _, window := range append(sample.Ends(), 0, -1, -2, -api.MaxWindow, api.MaxWindow+1, 2*api.MaxWindow) {
 		if o, e := outbox.New(window); o != nil || e != api.ErrArg {
 			t.Errorf("New(%d): %v, %v, want none, %v", window, o, e, api.ErrArg)
 		}
@@ -231,7 +231,7 @@ func TestP19_2AckedOfNoneOnItsWay(t *testing.T) {
 		for pushed := range 2*window + 2 {
 			for acked := range min(pushed, window) + 1 {
 				a := of(t, window, pushed, acked)
-				wrong := append(ends(), 0, -1, -2, -acked, -pushed, acked-1, acked, acked+window+1, acked+window+2, pushed+1, pushed+2, pushed+window)
+				wrong := append(sample.Ends(), 0, -1, -2, -acked, -pushed, acked-1, acked, acked+window+1, acked+window+2, pushed+1, pushed+2, pushed+window)
 				for n := 1; n <= acked; n++ {
 					wrong = append(wrong, n)
 				}

@@ -3,12 +3,12 @@ package outbox_test
 import (
 	"bytes"
 	"fmt"
-	"math"
 	"slices"
 	"testing"
 
 	"twain/api"
 	"twain/outbox"
+	"twain/sample"
 )
 
 // entry is a body under its number.
@@ -58,11 +58,6 @@ func (p *plain) body(seq int) ([]byte, bool) {
 		}
 	}
 	return nil, false
-}
-
-// ends: both ends of an int, and what looks like a small number by its low bits alone.
-func ends() []int {
-	return []int{math.MinInt, math.MinInt + 1, math.MinInt + 2, math.MinInt32, 1 - 1<<32, math.MaxInt32, 1 << 31, 1 << 32, 1<<32 + 1, 1<<32 + 2, math.MaxInt - 1, math.MaxInt}
 }
 
 // pair is an Out, and the plain list that it is held against.
@@ -124,7 +119,7 @@ func (a pair) holds(t *testing.T, what string) {
 func (a pair) tells(t *testing.T, what string) {
 	t.Helper()
 	a.holds(t, what)
-	asked := ends()
+	asked := sample.Ends()
 	for seq := -2; seq <= a.p.next+2; seq++ {
 		asked = append(asked, seq)
 	}

@@ -78,21 +78,6 @@ func (l *ledger) balances(t *testing.T) {
 	}
 }
 
-// each: each row of length steps is done, on a new thing each.
-func each[T any](length int, fresh func() T, steps []func(T)) {
-	rows := 1
-	for range length {
-		rows *= len(steps)
-	}
-	for i := range rows {
-		thing := fresh()
-		for range length {
-			steps[i%len(steps)](thing)
-			i /= len(steps)
-		}
-	}
-}
-
 func TestP19_3AllShortRuns(t *testing.T) {
 	steps := []func(*ledger){
 		func(l *ledger) { l.push(t) },
@@ -104,7 +89,7 @@ func TestP19_3AllShortRuns(t *testing.T) {
 		func(l *ledger) { l.ack(t, l.acked) },
 	}
 	for window := 1; window <= 3; window++ {
-		each(5, func() *ledger { return &ledger{o: made(t, window), window: window} }, steps)
+		sample.AllRuns(5, func() *ledger { return &ledger{o: made(t, window), window: window} }, steps)
 	}
 }
 
@@ -118,7 +103,7 @@ func TestP19_2AllShortRuns(t *testing.T) {
 		func(a pair) { a.ack(t, a.p.next-1) },
 	}
 	for window := 1; window <= 3; window++ {
-		each(6, func() pair { return both(t, window) }, steps)
+		sample.AllRuns(6, func() pair { return both(t, window) }, steps)
 	}
 }
 
@@ -380,7 +365,7 @@ func TestR5AnOutThatNoCallMade(t *testing.T) {
 				if n, mayGo := o.Push(body); n != 0 || mayGo {
 					t.Errorf("Push(%v): %d, %v, want 0, false", body, n, mayGo)
 				}
-				for _, n := range append(ends(), -1, 0, 1, 2) {
+				for _, n := range append(sample.Ends(), -1, 0, 1, 2) {
 					if got := o.Acked(n); got != nil {
 						t.Errorf("Acked(%d): %v, want nil", n, got)
 					}

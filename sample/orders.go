@@ -49,3 +49,18 @@ func Mixed[T any](list []T) []T {
 	}
 	return list
 }
+
+// AllRuns: each row of length of the steps is done, on a new thing each.
+func AllRuns[T any](length int, fresh func() T, steps []func(T)) {
+	rows := 1
+	for range length {
+		rows *= len(steps)
+	}
+	for i := range rows {
+		thing := fresh()
+		for range length {
+			steps[i%len(steps)](thing)
+			i /= len(steps)
+		}
+	}
+}

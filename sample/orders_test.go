@@ -63,3 +63,26 @@ func TestWaysThrough(t *testing.T) {
 		t.Errorf("rising %v, falling %v, inward %v", rising, falling, inward)
 	}
 }
+
+// All rows of each length are done, each on a new thing, and none twice.
+func TestAllRuns(t *testing.T) {
+	for length, want := range []int{1, 3, 9, 27, 81} {
+		var done []*[]int
+		step := func(n int) func(*[]int) { return func(row *[]int) { *row = append(*row, n) } }
+		sample.AllRuns(length, func() *[]int { done = append(done, new([]int)); return done[len(done)-1] }, []func(*[]int){step(0), step(1), step(2)})
+		met := map[int]int{}
+		for _, row := range done {
+			number := 0
+			for _, n := range *row {
+				number = 3*number + n
+			}
+			met[number]++
+			if len(*row) != length || met[number] > 1 {
+				t.Errorf("length %d: %v, %d times", length, *row, met[number])
+			}
+		}
+		if len(done) != want {
+			t.Errorf("length %d: %d rows, want %d", length, len(done), want)
+		}
+	}
+}

@@ -1,4 +1,4 @@
-// Package sample has what the tests of several layers need: inputs that they try and orders to try them in, whether memory is shared, disks, whether two disks are alike, and the rings on them by plain words. No layer calls it.
+// Package sample has what the tests of several layers need: inputs that they try, orders and runs to try them in, whether memory is shared, disks, whether two disks are alike, and the rings on them by plain words. No layer calls it.
 package sample
 
 import (
@@ -15,6 +15,11 @@ func Words() []uint64 {
 		all = append(all, uint64(1)<<n, ^(uint64(1) << n))
 	}
 	return append(all, mixed(2000)...)
+}
+
+// Ends: both ends of an int, and what looks like a small number by its low bits alone.
+func Ends() []int {
+	return []int{math.MinInt, math.MinInt + 1, math.MinInt + 2, math.MinInt32, 1 - 1<<32, math.MaxInt32, 1 << 31, 1 << 32, 1<<32 + 1, 1<<32 + 2, math.MaxInt - 1, math.MaxInt}
 }
 
 // Bytes: n bytes of no pattern; the same ones at each call.

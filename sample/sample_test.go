@@ -2,11 +2,28 @@ package sample_test
 
 import (
 	"bytes"
+	"math"
 	"slices"
 	"testing"
 
 	"twain/sample"
 )
+
+func TestEnds(t *testing.T) {
+	list := sample.Ends()
+	if slices.Min(list) != math.MinInt || slices.Max(list) != math.MaxInt {
+		t.Errorf("from %d to %d", slices.Min(list), slices.Max(list))
+	}
+	for small := range 3 {
+		if !slices.ContainsFunc(list, func(n int) bool { return n != small && uint32(n) == uint32(small) }) {
+			t.Errorf("none looks like %d", small)
+		}
+	}
+	sample.Spoil(list)
+	if slices.Min(sample.Ends()) != math.MinInt {
+		t.Error("two answers share memory")
+	}
+}
 
 func TestHighestFirst(t *testing.T) {
 	for _, c := range []struct {
