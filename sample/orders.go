@@ -50,6 +50,19 @@ func Mixed[T any](list []T) []T {
 	return list
 }
 
+// Rows: all rows of none to most of the things, each of them as often as may be.
+func Rows[T any](things []T, most int) [][]T {
+	all := [][]T{nil}
+	for i := 0; i < len(all); i++ {
+		for _, x := range things {
+			if row := all[i]; len(row) < most {
+				all = append(all, append(row[:len(row):len(row)], x))
+			}
+		}
+	}
+	return all
+}
+
 // AllRuns: each row of length of the steps is done, on a new thing each.
 func AllRuns[T any](length int, fresh func() T, steps []func(T)) {
 	rows := 1

@@ -64,6 +64,36 @@ func TestWaysThrough(t *testing.T) {
 	}
 }
 
+// All rows up to each length, none twice, and none shares memory with another.
+func TestRows(t *testing.T) {
+	for most, want := range []int{1, 4, 13, 40, 121} {
+		all := sample.Rows([]int{1, 2, 3}, most)
+		met := map[int]int{}
+		for _, row := range all {
+			number := 0
+			for _, n := range row {
+				number = 4*number + n
+			}
+			met[number]++
+			if len(row) > most || met[number] > 1 {
+				t.Errorf("Rows of three, %d at most: %v, %d times", most, row, met[number])
+			}
+			sample.Spoil(row)
+		}
+		if len(all) != want {
+			t.Errorf("Rows of three, %d at most: %d, want %d", most, len(all), want)
+		}
+	}
+	if got := sample.Rows([]int{5, 4}, 2); len(got) != 7 || !slices.Equal(slices.Concat(got...), []int{5, 4, 5, 5, 5, 4, 4, 5, 4, 4}) {
+		t.Errorf("Rows of 5 and 4, two at most: %v", got)
+	}
+	for _, got := range [][][]int{sample.Rows([]int{1}, 0), sample.Rows([]int{1}, -1), sample.Rows[int](nil, 3)} {
+		if len(got) != 1 || len(got[0]) != 0 {
+			t.Errorf("Rows of nothing: %v", got)
+		}
+	}
+}
+
 // All rows of each length are done, each on a new thing, and none twice.
 func TestAllRuns(t *testing.T) {
 	for length, want := range []int{1, 3, 9, 27, 81} {

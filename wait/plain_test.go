@@ -109,19 +109,6 @@ func (c scene) String() string {
 	return fmt.Sprintf("of %v, flying %v, later %v", c.l, c.flying, c.later)
 }
 
-// rows: all rows of none to most of the things.
-func rows[T any](things []T, most int) [][]T {
-	all := [][]T{nil}
-	for i := 0; i < len(all); i++ {
-		for _, x := range things {
-			if row := all[i]; len(row) < most {
-				all = append(all, append(row[:len(row):len(row)], x))
-			}
-		}
-	}
-	return all
-}
-
 // at: a span.
 func at(off, n int) api.Span { return api.Span{Off: off, Len: n} }
 

@@ -344,9 +344,9 @@ func numbered(l []wait.Item) []wait.Item {
 
 // All lists of three items at most, with all of two that fly and two that are later at most.
 func TestP16_1AllShortLists(t *testing.T) {
-	flying := rows([]wait.Item{item(1, 1, at(0, 1)), item(1, 1, at(9, 1)), item(4, 1, at(2, 1)), item(5, 1, at(1, 1)), item(7, 1, at(3, 1))}, 2)
-	later := rows([]api.Span{at(0, 1), at(1, 1), at(3, 1)}, 2)
-	for _, l := range rows(letters(), 3) {
+	flying := sample.Rows([]wait.Item{item(1, 1, at(0, 1)), item(1, 1, at(9, 1)), item(4, 1, at(2, 1)), item(5, 1, at(1, 1)), item(7, 1, at(3, 1))}, 2)
+	later := sample.Rows([]api.Span{at(0, 1), at(1, 1), at(3, 1)}, 2)
+	for _, l := range sample.Rows(letters(), 3) {
 		l = numbered(l)
 		for _, f := range flying {
 			for _, s := range later {
@@ -360,7 +360,7 @@ func TestP16_1AllShortLists(t *testing.T) {
 
 // All lists of four items, with one that flies, and one that is later, at most.
 func TestP16_1AllListsOfFour(t *testing.T) {
-	for _, l := range rows(letters(), 4) {
+	for _, l := range sample.Rows(letters(), 4) {
 		l = numbered(l)
 		scene{l: l}.asked(t)
 		scene{l: l, flying: []wait.Item{item(5, 1, at(3, 1))}}.asked(t)
@@ -449,7 +449,7 @@ func TestP16_2TheFirstMay(t *testing.T) {
 
 // The first one goes, again and again, until none is left: none waits for ever.
 func TestP16_2AllGoOn(t *testing.T) {
-	for _, l := range rows(letters()[1:], 3) {
+	for _, l := range sample.Rows(letters()[1:], 3) {
 		for l = numbered(l); len(l) > 0; l = l[1:] {
 			c := scene{l: l}
 			c.may(t, 0, true)
