@@ -138,26 +138,6 @@ func (a pair) finds(t *testing.T, what string, asked ...api.Span) {
 	}
 }
 
-// near: spans that begin and end at, within and beside that one, and whatever lies ahead of it or behind it.
-func near(s api.Span) []api.Span {
-	end := s.Off + s.Len
-	return []api.Span{
-		s,
-		{Off: s.Off, Len: 1},
-		{Off: end - 1, Len: 1},
-		{Off: s.Off - 1, Len: 1},
-		{Off: s.Off - 1, Len: 2},
-		{Off: end - 1, Len: 2},
-		{Off: end, Len: 1},
-		{Off: s.Off + s.Len/2, Len: 1},
-		{Off: s.Off - 1, Len: s.Len + 2},
-		{Off: 0, Len: s.Off},
-		{Off: end, Len: most},
-		{Off: 0, Len: most},
-		{Off: s.Off},
-	}
-}
-
 // insert: an Insert, and all that is told behind it.
 func (a pair) insert(t *testing.T, e entry) bool {
 	t.Helper()
@@ -167,7 +147,7 @@ func (a pair) insert(t *testing.T, e entry) bool {
 		t.Fatalf("%s: %v, want %v", what, got, want)
 	}
 	a.tells(t, what)
-	a.finds(t, what, near(e.s)...)
+	a.finds(t, what, sample.NearSpans(e.s)...)
 	return want
 }
 
@@ -180,7 +160,7 @@ func (a pair) remove(t *testing.T, e entry) bool {
 		t.Fatalf("%s: %v, want %v", what, got, want)
 	}
 	a.tells(t, what)
-	a.finds(t, what, near(e.s)...)
+	a.finds(t, what, sample.NearSpans(e.s)...)
 	return want
 }
 

@@ -6,6 +6,8 @@ import (
 	"iter"
 	"math"
 	"slices"
+
+	"twain/api"
 )
 
 // Words: the ends, each bit alone, each missing alone, and many words of no pattern; the same ones at each call.
@@ -20,6 +22,16 @@ func Words() []uint64 {
 // Ends: both ends of an int, and what looks like a small number by its low bits alone.
 func Ends() []int {
 	return []int{math.MinInt, math.MinInt + 1, math.MinInt + 2, math.MinInt32, 1 - 1<<32, math.MaxInt32, 1 << 31, 1 << 32, 1<<32 + 1, 1<<32 + 2, math.MaxInt - 1, math.MaxInt}
+}
+
+// Tickets: tickets at both ends, at the borders of 32 bits, and with the same low bits as others; they rise.
+func Tickets() []int {
+	return []int{1, 2, 1 << 24, 1<<24 + 1, math.MaxInt32, 1 << 31, math.MaxUint32, 1 << 32, 1<<32 + 1, 1<<32 + 2, 1 << 62, math.MaxInt - 1, math.MaxInt}
+}
+
+// NoTickets: numbers that are no tickets, by a little, and at the end of an int.
+func NoTickets() []int {
+	return []int{0, -1, -2, -api.MaxTable, math.MinInt32, -1 << 32, math.MinInt + 1, math.MinInt}
 }
 
 // Bytes: n bytes of no pattern; the same ones at each call.

@@ -25,6 +25,23 @@ func TestEnds(t *testing.T) {
 	}
 }
 
+// Tickets rise from the first one to the last one that may be; none of the others may be.
+func TestTickets(t *testing.T) {
+	list := sample.Tickets()
+	if n := len(list); list[0] != 1 || list[n-1] != math.MaxInt || !slices.IsSorted(list) || len(slices.Compact(list)) != n {
+		t.Errorf("Tickets: %v", sample.Tickets())
+	}
+	not := sample.NoTickets()
+	if slices.Max(not) != 0 || slices.Min(not) != math.MinInt || !slices.Contains(not, -1) {
+		t.Errorf("NoTickets: %v", not)
+	}
+	sample.Spoil(list)
+	sample.Spoil(not)
+	if sample.Tickets()[0] != 1 || sample.NoTickets()[0] != 0 {
+		t.Error("two answers share memory")
+	}
+}
+
 func TestHighestFirst(t *testing.T) {
 	for _, c := range []struct {
 		n    uint64

@@ -38,6 +38,26 @@ func CrossedSpans(offs, lens []int) []api.Span {
 	return list
 }
 
+// NearSpans: spans that begin and end at, within and beside that one, and whatever lies ahead of it or behind it.
+func NearSpans(s api.Span) []api.Span {
+	end := s.Off + s.Len
+	return []api.Span{
+		s,
+		{Off: s.Off, Len: 1},
+		{Off: end - 1, Len: 1},
+		{Off: s.Off - 1, Len: 1},
+		{Off: s.Off - 1, Len: 2},
+		{Off: end - 1, Len: 2},
+		{Off: end, Len: 1},
+		{Off: s.Off + s.Len/2, Len: 1},
+		{Off: s.Off - 1, Len: s.Len + 2},
+		{Off: 0, Len: s.Off},
+		{Off: end, Len: MostSectors},
+		{Off: 0, Len: MostSectors},
+		{Off: s.Off},
+	}
+}
+
 // InSpan: is the sector in the plain span?
 func InSpan(s api.Span, sector int) bool { return sector >= s.Off && sector-s.Off < s.Len }
 

@@ -54,6 +54,31 @@ func TestSmallSpans(t *testing.T) {
 	}
 }
 
+// Of a span within a data area there are some that overlap it, at either end alone too, and some beside it, of which the one ends where it begins, and the other begins where it ends.
+func TestNearSpans(t *testing.T) {
+	for _, s := range []api.Span{{Off: 5, Len: 1}, {Off: 5, Len: 2}, {Off: 8, Len: 8}} {
+		end := s.Off + s.Len
+		near := sample.NearSpans(s)
+		for _, want := range []api.Span{s, {Off: s.Off - 1, Len: 2}, {Off: end - 1, Len: 2}, {Off: s.Off - 1, Len: 1}, {Off: end, Len: 1}, {Off: s.Off - 1, Len: s.Len + 2}} {
+			if !slices.Contains(near, want) {
+				t.Errorf("NearSpans(%v): %v is not there", s, want)
+			}
+		}
+		overlap := 0
+		for _, x := range near {
+			if !may(x) {
+				t.Errorf("NearSpans(%v): %v is not plain", s, x)
+			}
+			if sample.InBoth(s, x) {
+				overlap++
+			}
+		}
+		if overlap != 8 || len(near) != 13 {
+			t.Errorf("NearSpans(%v): %d of %d overlap it", s, overlap, len(near))
+		}
+	}
+}
+
 func TestInSpan(t *testing.T) {
 	s := api.Span{Off: 3, Len: 2}
 	for sector, want := range map[int]bool{-1: false, 0: false, 2: false, 3: true, 4: true, 5: false, math.MaxInt: false} {

@@ -12,16 +12,6 @@ import (
 	"twain/table"
 )
 
-// none: numbers that are no tickets, by a little, and at the end of an int.
-func none() []int {
-	return []int{0, -1, -2, -api.MaxTable, math.MinInt32, -1 << 32, math.MinInt + 1, math.MinInt}
-}
-
-// ends: tickets at both ends, at the borders of 32 bits, and with the same low bits as others.
-func ends() []int {
-	return []int{1, 2, 1 << 24, 1<<24 + 1, math.MaxInt32, 1 << 31, math.MaxUint32, 1 << 32, 1<<32 + 1, 1<<32 + 2, 1 << 62, math.MaxInt - 1, math.MaxInt}
-}
-
 // requests: of each kind that there is, and of some that there are not, with each span, and with no data, nil data, a little and much of it.
 func requests() []api.Request {
 	var list []api.Request
@@ -141,11 +131,11 @@ func TestP15_1TicketsRise(t *testing.T) {
 func TestP15_1TicketsAtTheEnds(t *testing.T) {
 	for _, put := range sample.WaysThrough[int]() {
 		a := both(t, api.MaxTable)
-		for _, ticket := range put(ends()) {
+		for _, ticket := range put(sample.Tickets()) {
 			a.add(t, entry{ticket, write(ticket % 200)}, api.OK)
 			a.add(t, entry{ticket, write(3)}, api.ErrArg)
 		}
-		for _, ticket := range put(ends()) {
+		for _, ticket := range put(sample.Tickets()) {
 			a.remove(t, ticket, true)
 			a.remove(t, ticket, false)
 		}
@@ -154,7 +144,7 @@ func TestP15_1TicketsAtTheEnds(t *testing.T) {
 
 // The one that is there stays as it was, until its Remove.
 func TestP15_1ATicketThatIsThere(t *testing.T) {
-	for _, ticket := range ends() {
+	for _, ticket := range sample.Tickets() {
 		a := of(t, 3, entry{ticket, write(1)})
 		for _, r := range []api.Request{write(1), write(2), {}, {Kind: api.Flush}} {
 			a.add(t, entry{ticket, r}, api.ErrArg)
@@ -176,7 +166,7 @@ func TestP15_1TheOrderOfErrors(t *testing.T) {
 			a.add(t, entry{e.ticket, write(99)}, api.ErrArg)
 			a.add(t, entry{e.ticket + 1, e.r}, api.ErrFull)
 		}
-		for _, ticket := range none() {
+		for _, ticket := range sample.NoTickets() {
 			a.add(t, entry{ticket, write(99)}, api.ErrArg)
 		}
 	}
@@ -185,7 +175,7 @@ func TestP15_1TheOrderOfErrors(t *testing.T) {
 // To an empty table, to one with room, and to a full one.
 func TestP15_1WrongTickets(t *testing.T) {
 	for _, a := range []pair{both(t, 1), both(t, api.MaxTable), of(t, 3, entries(2)...), of(t, 2, entries(2)...), of(t, api.MaxTable, entries(api.MaxTable)...)} {
-		for _, ticket := range none() {
+		for _, ticket := range sample.NoTickets() {
 			for _, r := range []api.Request{{}, write(1), {Kind: api.Flush}} {
 				a.add(t, entry{ticket, r}, api.ErrArg)
 			}
@@ -405,7 +395,7 @@ func TestR5ATableThatNoCallMade(t *testing.T) {
 	for _, x := range []*table.Table{nil, {}, new(table.Table)} {
 		// Twice: no call makes it.
 		for range 2 {
-			for _, ticket := range append(none(), ends()...) {
+			for _, ticket := range append(sample.NoTickets(), sample.Tickets()...) {
 				for _, r := range []api.Request{{}, write(1), {Kind: api.Flush}} {
 					if e := x.Add(ticket, r); e != api.ErrMade {
 						t.Errorf("Add(%d, %v): %v, want %v", ticket, r, e, api.ErrMade)
