@@ -278,20 +278,9 @@ func TestP23_1AllShortLists(t *testing.T) {
 	}
 }
 
-// chosen: the own write that a word chooses, of so many sectors; now and then a long one, one of no sector, or one that is not plain.
+// chosen: the own write that a word chooses, of so many sectors.
 func chosen(w uint64, sectors int) clash.Own {
-	o := clash.Own{Span: at(int(w>>8%uint64(sectors)), 1+int(w>>24%api.MaxLen)), Sent: w>>48&1 == 0}
-	switch w >> 32 % 32 {
-	case 0:
-		o.Span.Len = 0
-	case 1:
-		o.Span.Len = sectors
-	case 2:
-		o.Span.Off = -o.Span.Off - 1
-	case 3:
-		o.Span.Len = -o.Span.Len
-	}
-	return o
+	return clash.Own{Span: sample.ChosenSpan(w, sectors), Sent: w>>48&1 == 0}
 }
 
 // Lists of up to some hundred, of mixed spans, in small data areas and in large ones.
@@ -305,7 +294,7 @@ func TestP23_1LongLists(t *testing.T) {
 				own[i] = chosen(words[(n*13+i)%len(words)], sectors)
 			}
 			for i := range 40 {
-				in := chosen(words[(n*17+i*3+700)%len(words)], sectors).Span
+				in := sample.ChosenSpan(words[(n*17+i*3+700)%len(words)], sectors)
 				atArbiter, atOther := judgedPlainly(t, own, in)
 				met[atArbiter]++
 				met[atOther]++
@@ -339,7 +328,7 @@ func TestP23_1TheOrderOfOwnWrites(t *testing.T) {
 			own[i] = chosen(words[n*20+i], 64)
 		}
 		for i := range 20 {
-			in := chosen(words[n*5+i+1300], 64).Span
+			in := sample.ChosenSpan(words[n*5+i+1300], 64)
 			atArbiter, atOther := clash.Verdict(true, own, in), clash.Verdict(false, own, in)
 			for _, way := range sample.WaysThrough[clash.Own]() {
 				judged(t, way(own), in, atArbiter, atOther)

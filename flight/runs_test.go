@@ -64,20 +64,9 @@ func cameAndWent(t *testing.T, in, out []flight.Write) {
 	}
 }
 
-// chosen: the write that a word chooses, of so many tickets and sectors; now and then a long one, one of no sector, or one that is not plain.
+// chosen: the write that a word chooses, of so many tickets and sectors.
 func chosen(w uint64, tickets, sectors int) flight.Write {
-	s := at(int(w>>8%uint64(sectors)), 1+int(w>>24%api.MaxLen))
-	switch w >> 32 % 32 {
-	case 0:
-		s.Len = 0
-	case 1:
-		s.Len = sectors
-	case 2:
-		s.Off = -s.Off - 1
-	case 3:
-		s.Len = -s.Len
-	}
-	return write(int(w>>40%uint64(tickets+1)), s)
+	return write(int(w>>40%uint64(tickets+1)), sample.ChosenSpan(w, sectors))
 }
 
 // Adds, Turns and Ends in turn, without a pattern, of few tickets and sectors that come again and of many: what was refused changed nothing, and no two ever overlap.
@@ -107,7 +96,7 @@ func TestP24_3LongRuns(t *testing.T) {
 			case w>>4%4 > 0 && a.ended(t, ticket):
 				met["ended"]++
 			}
-			a.finds(t, "behind a step", chosen(w>>3^w<<20, 1, c.sectors).Span, chosen(w>>5^w<<11, 1, c.sectors).Span)
+			a.finds(t, "behind a step", sample.ChosenSpan(w>>3^w<<20, c.sectors), sample.ChosenSpan(w>>5^w<<11, c.sectors))
 			apart(t, a.f)
 		}
 		if met["added"] < 30 || met["refused"] < 30 || met["turned"] < 30 || met["ended"] < 30 {

@@ -58,6 +58,22 @@ func NearSpans(s api.Span) []api.Span {
 	}
 }
 
+// ChosenSpan: the span that a word chooses, of one to MaxLen sectors that begins among so many; now and then one of all of them, one of no sector, or one that is not plain.
+func ChosenSpan(w uint64, sectors int) api.Span {
+	s := api.Span{Off: int(w >> 8 % uint64(sectors)), Len: 1 + int(w>>24%api.MaxLen)}
+	switch w >> 32 % 32 {
+	case 0:
+		s.Len = 0
+	case 1:
+		s.Len = sectors
+	case 2:
+		s.Off = -s.Off - 1
+	case 3:
+		s.Len = -s.Len
+	}
+	return s
+}
+
 // InSpan: is the sector in the plain span?
 func InSpan(s api.Span, sector int) bool { return sector >= s.Off && sector-s.Off < s.Len }
 

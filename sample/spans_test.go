@@ -79,6 +79,32 @@ func TestNearSpans(t *testing.T) {
 	}
 }
 
+// Each kind is met, and each of them often enough; the same word chooses the same span.
+func TestChosenSpan(t *testing.T) {
+	for _, sectors := range []int{1, 8, api.MaxSectors, sample.MostSectors} {
+		var plain, whole, empty, not int
+		for _, w := range sample.Words() {
+			s := sample.ChosenSpan(w, sectors)
+			switch {
+			case !may(s):
+				not++
+			case s.Len == 0:
+				empty++
+			case s.Len > api.MaxLen:
+				whole++
+			default:
+				plain++
+			}
+			if may(s) && (s.Off >= sectors || s.Len > max(sectors, api.MaxLen)) || s != sample.ChosenSpan(w, sectors) {
+				t.Fatalf("ChosenSpan(%x, %d): %v", w, sectors, s)
+			}
+		}
+		if plain < 1500 || empty < 30 || not < 60 || (sectors > api.MaxLen) != (whole > 30) {
+			t.Errorf("of %d sectors: %d plain, %d of all, %d of no sector, %d not plain", sectors, plain, whole, empty, not)
+		}
+	}
+}
+
 func TestInSpan(t *testing.T) {
 	s := api.Span{Off: 3, Len: 2}
 	for sector, want := range map[int]bool{-1: false, 0: false, 2: false, 3: true, 4: true, 5: false, math.MaxInt: false} {
