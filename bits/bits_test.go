@@ -11,23 +11,9 @@ import (
 
 const full = math.MaxUint64
 
-// outside: numbers that no set can have, next to the edges, at multiples of the word and at the ends of an int.
-var outside = []int{math.MinInt, math.MinInt + 1, math.MinInt32, -65, -64, -63, -1, 64, 65, 127, 128, 256, math.MaxInt32, math.MaxInt - 1, math.MaxInt}
-
 // sets: samples, and those with whole halves and every other number.
 func sets() []uint64 {
 	return append(sample.Words(), 1<<63|1, 0x5555555555555555, 0xaaaaaaaaaaaaaaaa, 0x00000000ffffffff, 0xffffffff00000000)
-}
-
-// members: the set's numbers, rising, found by asking each bit of the word.
-func members(set uint64) []int {
-	var l []int
-	for n := range 64 {
-		if set>>n&1 == 1 {
-			l = append(l, n)
-		}
-	}
-	return l
 }
 
 // word: the sum of the numbers' bits. The numbers are from 0 to 63, each at most once.
@@ -47,7 +33,7 @@ func TestP1_1One(t *testing.T) {
 		}
 		want *= 2
 	}
-	for _, n := range outside {
+	for _, n := range sample.NoExtents() {
 		if got := bits.One(n); got != 0 {
 			t.Errorf("One(%d): %#x, want the empty set", n, got)
 		}
@@ -57,7 +43,7 @@ func TestP1_1One(t *testing.T) {
 func TestP1_1HasWithWithout(t *testing.T) {
 	for _, set := range sets() {
 		for n := range 64 {
-			in := slices.Contains(members(set), n)
+			in := slices.Contains(sample.Members(set), n)
 			with, without := set, set
 			if in {
 				without -= uint64(1) << n
@@ -79,7 +65,7 @@ func TestP1_1HasWithWithout(t *testing.T) {
 
 func TestP1_1OfAnotherNumberTheSet(t *testing.T) {
 	for _, set := range sets() {
-		for _, n := range outside {
+		for _, n := range sample.NoExtents() {
 			if bits.Has(set, n) {
 				t.Fatalf("Has(%#x, %d): true", set, n)
 			}
@@ -106,7 +92,7 @@ func TestP1_1Of(t *testing.T) {
 		{[]int{1, 3, 1, 3, 3}, 10},
 		{[]int{63, 0, -1, 64, 62}, 1<<63 | 1<<62 | 1},
 		{[]int{math.MinInt, 5, math.MaxInt}, 1 << 5},
-		{outside, 0},
+		{sample.NoExtents(), 0},
 	} {
 		if got := bits.Of(c.list); got != c.want {
 			t.Errorf("Of(%v): %#x, want %#x", c.list, got, c.want)
@@ -116,7 +102,7 @@ func TestP1_1Of(t *testing.T) {
 
 func TestP1_1OfWhateverTheOrder(t *testing.T) {
 	for _, set := range sets() {
-		l := slices.Concat(members(set), outside, members(set))
+		l := slices.Concat(sample.Members(set), sample.NoExtents(), sample.Members(set))
 		slices.Reverse(l)
 		if got := bits.Of(l); got != set {
 			t.Fatalf("Of(%v): %#x, want %#x", l, got, set)
@@ -143,7 +129,7 @@ func TestP1_2Count(t *testing.T) {
 		t.Errorf("Count of the full set: %d", got)
 	}
 	for _, set := range sets() {
-		if got, want := bits.Count(set), len(members(set)); got != want {
+		if got, want := bits.Count(set), len(sample.Members(set)); got != want {
 			t.Fatalf("Count(%#x): %d, want %d", set, got, want)
 		}
 	}
@@ -157,7 +143,7 @@ func TestP1_2Lowest(t *testing.T) {
 		if set == 0 {
 			continue
 		}
-		want := members(set)[0]
+		want := sample.Members(set)[0]
 		if n, ok := bits.Lowest(set); n != want || !ok {
 			t.Fatalf("Lowest(%#x): %d, %v, want %d, true", set, n, ok, want)
 		}
@@ -172,7 +158,7 @@ func TestP1_2List(t *testing.T) {
 		t.Errorf("List(10): %v", got)
 	}
 	for _, set := range sets() {
-		if got, want := bits.List(set), members(set); !slices.Equal(got, want) {
+		if got, want := bits.List(set), sample.Members(set); !slices.Equal(got, want) {
 			t.Fatalf("List(%#x): %v, want %v", set, got, want)
 		}
 	}
@@ -185,7 +171,7 @@ func TestP1_2ListIsNewMemory(t *testing.T) {
 		for i := range a {
 			a[i] = -7
 		}
-		if got := bits.List(set); !slices.Equal(got, members(set)) {
+		if got := bits.List(set); !slices.Equal(got, sample.Members(set)) {
 			t.Fatalf("List(%#x) behind a change of an earlier answer: %v", set, got)
 		}
 	}
@@ -232,7 +218,7 @@ func TestP1_2RowAtTheEdges(t *testing.T) {
 }
 
 func TestP1_2RowThatIsEmpty(t *testing.T) {
-	for _, from := range slices.Concat(outside, []int{0, 1, 31, 62, 63}) {
+	for _, from := range slices.Concat(sample.NoExtents(), []int{0, 1, 31, 62, 63}) {
 		for _, n := range []int{0, -1, -64, math.MinInt32, math.MinInt + 1, math.MinInt} {
 			if got := bits.Row(from, n); got != 0 {
 				t.Errorf("Row(%d, %d): %#x, want the empty set", from, n, got)
@@ -240,7 +226,7 @@ func TestP1_2RowThatIsEmpty(t *testing.T) {
 		}
 	}
 	// A row that begins outside is empty even where it would reach inside.
-	for _, from := range outside {
+	for _, from := range sample.NoExtents() {
 		for _, n := range []int{1, 2, 63, 64, 65, 128, math.MaxInt - 1, math.MaxInt} {
 			if got := bits.Row(from, n); got != 0 {
 				t.Errorf("Row(%d, %d): %#x, want the empty set", from, n, got)

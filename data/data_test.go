@@ -335,7 +335,7 @@ func TestP12_2NoExtent(t *testing.T) {
 	for _, size := range []int{1, 8, 9, 12, 24, 264, api.MaxDisk} {
 		d := filled(size)
 		what := fmt.Sprintf("of %d sectors", size)
-		for _, e := range noExtent {
+		for _, e := range sample.NoExtents() {
 			getFails(t, what, d, e, api.ErrRange)
 			for _, n := range []int{0, 16, 64} {
 				setStays(t, what, d, e, make([]byte, n), api.ErrRange)
@@ -424,7 +424,7 @@ func TestR5ADiskThatNoCallMade(t *testing.T) {
 					writeStays(t, "no call made it", d, s, make([]byte, n), api.ErrMade)
 				}
 			}
-			for _, e := range append([]int{0, 1, 63}, noExtent...) {
+			for _, e := range append([]int{0, 1, 63}, sample.NoExtents()...) {
 				getFails(t, "no call made it", d, e, api.ErrMade)
 				for _, n := range []int{0, 1, 64} {
 					setStays(t, "no call made it", d, e, make([]byte, n), api.ErrMade)

@@ -14,9 +14,6 @@ import (
 
 const all = math.MaxUint64
 
-// noExtent: no data area has such an extent.
-var noExtent = []int{math.MinInt, math.MinInt + 1, math.MinInt32, -65, -64, -4, -2, -1, 64, 65, 127, 128, 253, 254, 256, 1024, math.MaxInt32, 1 << 32, 1 << 60, 1 << 61, 1 << 62, 1<<62 + 1, math.MaxInt - 1, math.MaxInt}
-
 // noSpans: no disk has such a row of sectors: none at all, a number below 0, or one that is too great, be it by what wraps.
 func noSpans() []api.Span {
 	const most = 1 << 30

@@ -21,9 +21,6 @@ const (
 	greatest = math.MaxUint32
 )
 
-// noExtent: no set has such a number.
-var noExtent = []int{math.MinInt, math.MinInt + 1, math.MinInt32, -65, -64, -63, -2, -1, 64, 65, 127, 128, 255, 256, 1024, math.MaxInt32, 1 << 32, math.MaxInt - 1, math.MaxInt}
-
 // latest: the number and the mask that the bitmap holds, by the words of chapters 7 and 11, of a disk that works and has room for it.
 func latest(d *disk.Disk) (uint32, uint64) { return sample.RingLatest(d, 6, 2) }
 
@@ -150,7 +147,7 @@ func TestP11_1AFreshDisk(t *testing.T) {
 		what := fmt.Sprintf("of %d sectors", size)
 		tells(t, what, d, 0)
 		putStays(t, what, d, 0, api.OK)
-		for _, e := range append([]int{0, 1, 62, 63}, noExtent...) {
+		for _, e := range append([]int{0, 1, 62, 63}, sample.NoExtents()...) {
 			clearStays(t, what, d, e, 0, api.OK)
 		}
 		d.Crash(all)
@@ -239,7 +236,7 @@ func TestP11_1NoExtent(t *testing.T) {
 	for _, mask := range []uint64{0, 1, 2, 6, 1 << 63, 1<<63 + 1, all - 1, all >> 1, all} {
 		d := having(8, 4, mask)
 		d.Write(0, api.Sector{1})
-		for _, e := range noExtent {
+		for _, e := range sample.NoExtents() {
 			clearStays(t, "no extent", d, e, mask, api.OK)
 			tells(t, "no extent", d, mask)
 		}
@@ -413,7 +410,7 @@ func TestP11_1TheLastRecords(t *testing.T) {
 				clearStays(t, "none is left", d, e, 0, api.ErrRange)
 			}
 			putStays(t, "none is left, the same mask", d, 42, api.OK)
-			for _, e := range append([]int{0, 2, 4, 63}, noExtent...) {
+			for _, e := range append([]int{0, 2, 4, 63}, sample.NoExtents()...) {
 				clearStays(t, "none is left, not in the set", d, e, 42, api.OK)
 			}
 			tells(t, "none is left", d, 42)
@@ -452,7 +449,7 @@ func TestP11_1TooSmall(t *testing.T) {
 				for _, mask := range []uint64{1, 6, 1 << 63, all} {
 					putStays(t, what, d, mask, api.ErrArg)
 				}
-				for _, e := range append([]int{0, 1, 2, 63}, noExtent...) {
+				for _, e := range append([]int{0, 1, 2, 63}, sample.NoExtents()...) {
 					clearStays(t, what, d, e, 0, api.OK)
 				}
 			}
@@ -479,7 +476,7 @@ func TestP11_1ABrokenDisk(t *testing.T) {
 			for _, mask := range []uint64{0, 1, 9, c.mask, ^c.mask, all} {
 				putStays(t, "broken", c.d, mask, api.ErrDown)
 			}
-			for _, e := range append([]int{0, 1, 3, 63}, noExtent...) {
+			for _, e := range append([]int{0, 1, 3, 63}, sample.NoExtents()...) {
 				clearStays(t, "broken", c.d, e, 0, api.ErrDown)
 			}
 			c.d.Fuse(9)
@@ -581,7 +578,7 @@ func TestR5ADiskThatNoCallMade(t *testing.T) {
 					t.Errorf("Put(%#x): %v, want %v", mask, err, api.ErrMade)
 				}
 			}
-			for _, e := range append([]int{0, 1, 63}, noExtent...) {
+			for _, e := range append([]int{0, 1, 63}, sample.NoExtents()...) {
 				if left, err := dirty.Clear(d, e); left != 0 || err != api.ErrMade {
 					t.Errorf("Clear(%d): %#x, %v, want 0, %v", e, left, err, api.ErrMade)
 				}
@@ -612,12 +609,7 @@ func TestR4DisksGoTheirOwnWays(t *testing.T) {
 
 // orders: the extents of a set, rising, falling, and by no pattern.
 func orders(mask uint64) [][]int {
-	var rising []int
-	for e := range 64 {
-		if mask>>e&1 == 1 {
-			rising = append(rising, e)
-		}
-	}
+	rising := sample.Members(mask)
 	falling, mixed := slices.Clone(rising), slices.Clone(rising)
 	slices.Reverse(falling)
 	slices.SortFunc(mixed, func(a, b int) int { return (a*37+11)%67 - (b*37+11)%67 })

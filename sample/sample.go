@@ -34,6 +34,22 @@ func NoTickets() []int {
 	return []int{0, -1, -2, -api.MaxTable, math.MinInt32, -1 << 32, math.MinInt + 1, math.MinInt}
 }
 
+// NoExtents: numbers of no extent, and of no set: next to the edges, at multiples of what a word, or an extent, has, and at the ends of an int; they rise.
+func NoExtents() []int {
+	return []int{math.MinInt, math.MinInt + 1, math.MinInt32, -65, -64, -63, -4, -2, -1, 64, 65, 127, 128, 253, 254, 255, 256, 1024, math.MaxInt32, 1 << 32, 1<<32 + 1, 1 << 60, 1 << 61, 1 << 62, 1<<62 + 1, math.MaxInt - 1, math.MaxInt}
+}
+
+// Members: the set's numbers, rising, found by asking each bit of the word.
+func Members(set uint64) []int {
+	var list []int
+	for n := range 64 {
+		if set>>n&1 == 1 {
+			list = append(list, n)
+		}
+	}
+	return list
+}
+
 // Bytes: n bytes of no pattern; the same ones at each call.
 func Bytes(n int) []byte {
 	list := make([]byte, n)

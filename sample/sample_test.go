@@ -42,6 +42,46 @@ func TestTickets(t *testing.T) {
 	}
 }
 
+// No number from 0 to 63 is among them, and those beside these, and both ends of an int, are.
+func TestNoExtents(t *testing.T) {
+	list := sample.NoExtents()
+	if slices.ContainsFunc(list, func(n int) bool { return n >= 0 && n <= 63 }) {
+		t.Errorf("%v: one of them is an extent", list)
+	}
+	if n := len(list); !slices.IsSorted(list) || len(slices.Compact(slices.Clone(list))) != n {
+		t.Errorf("%v does not rise", list)
+	}
+	for _, n := range []int{math.MinInt, -1, 64, 1 << 32, math.MaxInt} {
+		if !slices.Contains(list, n) {
+			t.Errorf("%d is not there", n)
+		}
+	}
+	sample.Spoil(list)
+	if sample.NoExtents()[0] != math.MinInt {
+		t.Error("two answers share memory")
+	}
+}
+
+func TestMembers(t *testing.T) {
+	for _, c := range []struct {
+		set  uint64
+		want []int
+	}{{0, nil}, {1, []int{0}}, {10, []int{1, 3}}, {1 << 63, []int{63}}, {1<<63 + 1<<32 + 1<<31 + 1, []int{0, 31, 32, 63}}} {
+		if got := sample.Members(c.set); !slices.Equal(got, c.want) {
+			t.Errorf("Members(%#x): %v, want %v", c.set, got, c.want)
+		}
+	}
+	for _, set := range sample.Words() {
+		var sum uint64
+		for _, n := range sample.Members(set) {
+			sum += 1 << n
+		}
+		if sum != set || !slices.IsSorted(sample.Members(set)) {
+			t.Fatalf("Members(%#x): %v", set, sample.Members(set))
+		}
+	}
+}
+
 func TestHighestFirst(t *testing.T) {
 	for _, c := range []struct {
 		n    uint64
