@@ -34,6 +34,14 @@ func NoTickets() []int {
 	return []int{0, -1, -2, -api.MaxTable, math.MinInt32, -1 << 32, math.MinInt + 1, math.MinInt}
 }
 
+// Kinds: the kinds of requests; they rise.
+func Kinds() []int { return []int{api.Read, api.Write, api.Flush} }
+
+// NoKinds: numbers of no kind of requests, by a little, with a kind's low bits, and at the ends of an int.
+func NoKinds() []int {
+	return append([]int{-1, -2, -3, 3, 4, 5, 255, 256, 257, 258, math.MinInt32 + 1}, Ends()...)
+}
+
 // NoExtents: numbers of no extent, and of no set: next to the edges, at multiples of what a word, or an extent, has, and at the ends of an int; they rise.
 func NoExtents() []int {
 	return []int{math.MinInt, math.MinInt + 1, math.MinInt32, -65, -64, -63, -4, -2, -1, 64, 65, 127, 128, 253, 254, 255, 256, 1024, math.MaxInt32, 1 << 32, 1<<32 + 1, 1 << 60, 1 << 61, 1 << 62, 1<<62 + 1, math.MaxInt - 1, math.MaxInt}

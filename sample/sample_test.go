@@ -42,6 +42,27 @@ func TestTickets(t *testing.T) {
 	}
 }
 
+// The kinds are all three; none of the others is one, and those beside them, and both ends of an int, are there.
+func TestKinds(t *testing.T) {
+	list, not := sample.Kinds(), sample.NoKinds()
+	if !slices.Equal(list, []int{0, 1, 2}) {
+		t.Errorf("Kinds: %v", list)
+	}
+	if slices.ContainsFunc(not, func(n int) bool { return n >= 0 && n <= 2 }) {
+		t.Errorf("NoKinds: %v: one of them is a kind", not)
+	}
+	for _, n := range []int{math.MinInt, -1, 3, 256, 1<<32 + 2, math.MaxInt} {
+		if !slices.Contains(not, n) {
+			t.Errorf("NoKinds: %d is not there", n)
+		}
+	}
+	sample.Spoil(list)
+	sample.Spoil(not)
+	if sample.Kinds()[0] != 0 || sample.NoKinds()[0] != -1 {
+		t.Error("two answers share memory")
+	}
+}
+
 // No number from 0 to 63 is among them, and those beside these, and both ends of an int, are.
 func TestNoExtents(t *testing.T) {
 	list := sample.NoExtents()

@@ -116,8 +116,3 @@ func at(off, n int) api.Span { return api.Span{Off: off, Len: n} }
 func item(ticket, kind int, s api.Span) wait.Item {
 	return wait.Item{Ticket: ticket, Kind: kind, Span: s}
 }
-
-// noKinds: numbers that are none of the three kinds; some have a kind's low bits.
-func noKinds() []int {
-	return []int{-1, -2, -3, 3, 4, 5, 255, 256, 257, 258, math.MinInt32, math.MaxInt32, 1 << 32, 1<<32 + 1, 1<<32 + 2, math.MinInt, math.MinInt + 1, math.MinInt + 2, math.MaxInt - 1, math.MaxInt}
-}

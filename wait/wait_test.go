@@ -19,9 +19,6 @@ var (
 	far    = at(200, 8)
 )
 
-// kinds: the three.
-func kinds() []int { return []int{api.Read, api.Write, api.Flush} }
-
 func TestP16_1Example(t *testing.T) {
 	c := scene{l: []wait.Item{item(1, api.Write, at(0, 2)), item(2, api.Read, at(1, 1))}}
 	c.may(t, 0, true)
@@ -32,8 +29,8 @@ func TestP16_1Example(t *testing.T) {
 
 // Each kind behind each kind, over the same sectors and over others: only a write ahead holds up, a flush wherever it is.
 func TestP16_1EachKindBehindEachKind(t *testing.T) {
-	for _, ahead := range kinds() {
-		for _, kind := range kinds() {
+	for _, ahead := range sample.Kinds() {
+		for _, kind := range sample.Kinds() {
 			for _, s := range []api.Span{here, within, around, beside, far} {
 				overlap := s != beside && s != far
 				want := ahead != api.Write || kind != api.Flush && !overlap
@@ -55,7 +52,7 @@ func TestP16_1EachKindBehindEachKind(t *testing.T) {
 func TestP16_1WhereTheWriteStands(t *testing.T) {
 	for n := 2; n < 9; n++ {
 		for write := range n {
-			for _, kind := range kinds() {
+			for _, kind := range sample.Kinds() {
 				c := scene{l: slices.Repeat([]wait.Item{item(1, api.Read, far)}, n)}
 				c.l[write] = item(2, api.Write, here)
 				for place := range n {
@@ -90,7 +87,7 @@ func TestP16_1FlyingAndLater(t *testing.T) {
 	for _, s := range []api.Span{here, within, around, beside, far} {
 		overlap := s != beside && s != far
 		for _, ticket := range []int{1, 5, 9} {
-			for _, kind := range kinds() {
+			for _, kind := range sample.Kinds() {
 				c := scene{l: []wait.Item{item(5, kind, here)}, flying: []wait.Item{item(ticket, api.Write, s)}}
 				if kind == api.Flush {
 					c.may(t, 0, ticket >= 5)
@@ -238,7 +235,7 @@ func TestP16_1TicketsAtTheEnds(t *testing.T) {
 				scene{l: []wait.Item{item(mine, api.Write, beside)}, flying: flying}.may(t, 0, false)
 			}
 			// What stands ahead is told by the place, not by the ticket.
-			for _, kind := range kinds() {
+			for _, kind := range sample.Kinds() {
 				c := scene{l: []wait.Item{item(other, api.Write, here), item(mine, kind, here)}}
 				c.may(t, 0, true)
 				c.may(t, 1, false)
@@ -249,7 +246,7 @@ func TestP16_1TicketsAtTheEnds(t *testing.T) {
 
 func TestP16_1NoSuchPlace(t *testing.T) {
 	for n := range 5 {
-		for _, kind := range kinds() {
+		for _, kind := range sample.Kinds() {
 			c := scene{l: slices.Repeat([]wait.Item{item(1, kind, api.Span{})}, n)}
 			c.askedOutside(t)
 			c.flying, c.later = []wait.Item{item(1, api.Write, here)}, []api.Span{here}
@@ -300,12 +297,12 @@ func TestP16_1FirstLooksAhead(t *testing.T) {
 
 // Of another kind than the three none may go on, and none that stands ahead holds up; what flies does, whatever its kind.
 func TestP16_1WrongKinds(t *testing.T) {
-	for _, wrong := range noKinds() {
+	for _, wrong := range sample.NoKinds() {
 		alone := scene{l: []wait.Item{item(1, wrong, here)}}
 		alone.may(t, 0, false)
 		alone.first(t, 0, 0, false)
 		scene{l: []wait.Item{item(1, wrong, api.Span{}), item(2, wrong, far)}}.first(t, 0, 0, false)
-		for _, kind := range kinds() {
+		for _, kind := range sample.Kinds() {
 			c := scene{l: []wait.Item{item(1, wrong, here), item(2, kind, here), item(3, wrong, here)}}
 			for i, want := range []bool{false, true, false} {
 				c.may(t, i, want)
@@ -316,7 +313,7 @@ func TestP16_1WrongKinds(t *testing.T) {
 			scene{l: []wait.Item{item(2, kind, here)}, flying: []wait.Item{item(2, wrong, beside)}}.may(t, 0, true)
 		}
 	}
-	for _, kind := range kinds() {
+	for _, kind := range sample.Kinds() {
 		scene{l: []wait.Item{item(2, kind, here)}, flying: []wait.Item{item(1, api.Read, within)}}.may(t, 0, false)
 		scene{l: []wait.Item{item(2, kind, here)}, flying: []wait.Item{item(1, api.Flush, within)}}.may(t, 0, false)
 	}
@@ -325,7 +322,7 @@ func TestP16_1WrongKinds(t *testing.T) {
 // letters: few items, of each kind and of one that is none, over sectors of which each has some in common with the next.
 func letters() []wait.Item {
 	list := []wait.Item{item(0, 3, at(1, 2))}
-	for _, kind := range kinds() {
+	for _, kind := range sample.Kinds() {
 		for _, s := range []api.Span{at(0, 2), at(1, 2), at(2, 2)} {
 			list = append(list, item(0, kind, s))
 		}
@@ -421,7 +418,7 @@ func TestP16_1LongLists(t *testing.T) {
 				c.askedOutside(t)
 			}
 		}
-		for _, kind := range kinds() {
+		for _, kind := range sample.Kinds() {
 			if count := answers[kind]; count[1] < 20 || count[0] < 20 && (kind == api.Flush || sectors < 5000) {
 				t.Errorf("of %d sectors: kind %d: %d may not, %d may", sectors, kind, count[0], count[1])
 			}
@@ -435,7 +432,7 @@ func TestP16_2TheFirstMay(t *testing.T) {
 	spans := slices.Concat(sample.SmallSpans(4), []api.Span{at(-1, 3), at(sample.MostSectors, sample.MostSectors), at(math.MinInt, math.MaxInt), at(math.MaxInt, math.MaxInt)})
 	for n := range 40 {
 		behind := several(words[n*20:], n, 16)
-		for _, kind := range kinds() {
+		for _, kind := range sample.Kinds() {
 			for _, s := range spans {
 				for _, ticket := range []int{math.MinInt, 0, 1, math.MaxInt} {
 					c := scene{l: append([]wait.Item{item(ticket, kind, s)}, behind...)}
@@ -493,7 +490,7 @@ func TestR3NilAndEmpty(t *testing.T) {
 				c.may(t, 0, false)
 				c.first(t, 0, 0, false)
 			}
-			for _, kind := range kinds() {
+			for _, kind := range sample.Kinds() {
 				c := scene{[]wait.Item{item(3, kind, here)}, flying, later}
 				c.may(t, 0, true)
 				c.first(t, 0, 0, true)
