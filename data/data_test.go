@@ -61,8 +61,8 @@ func TestP12_1WhereTheSectorsStand(t *testing.T) {
 			if i >= size-8 {
 				continue
 			}
-			d := filled(size)
-			s, b := api.Span{Off: i, Len: 1}, pattern(i, 1)
+			d := sample.Filled(size)
+			s, b := api.Span{Off: i, Len: 1}, sample.Pattern(i, 1)
 			writes(t, "one sector", d, s, b)
 			if got, _ := d.Read(8 + i); got != api.Sector(b) || !slices.Equal(d.Cached(), []int{8 + i}) {
 				t.Errorf("Write(%v) of %d sectors: the disk's sector %d: %v, want %v, Cached %v", s, size, 8+i, got, b, d.Cached())
@@ -78,12 +78,12 @@ func TestP12_1WhereTheSectorsStand(t *testing.T) {
 func TestP12_1EachSpan(t *testing.T) {
 	for _, size := range []int{1, 7, 8, 9, 10, 12, 13, 17} {
 		n := size - 8
-		d := filled(size)
+		d := sample.Filled(size)
 		what := fmt.Sprintf("of %d sectors", size)
 		for off := -2; off <= n+2; off++ {
 			for length := -2; length <= n+2; length++ {
 				s := api.Span{Off: off, Len: length}
-				b := pattern(off+2, max(length, 0))
+				b := sample.Pattern(off+2, max(length, 0))
 				if off < 0 || length < 1 || off+length > n {
 					readFails(t, what, d, s, api.ErrRange)
 					writeStays(t, what, d, s, b, api.ErrRange)
@@ -101,16 +101,16 @@ func TestP12_1EachSpan(t *testing.T) {
 func TestP12_1TheEndsOfTheArea(t *testing.T) {
 	for _, size := range []int{9, 10, 12, 13, 264, api.MaxDisk - 1, api.MaxDisk} {
 		n := size - 8
-		d := filled(size)
+		d := sample.Filled(size)
 		what := fmt.Sprintf("of %d sectors", size)
 		for i, s := range []api.Span{{Off: 0, Len: 1}, {Off: n - 1, Len: 1}, {Off: max(n-2, 0), Len: min(n, 2)}, {Off: max(n-8, 0), Len: min(n, 8)}, {Off: n / 2, Len: n - n/2}, {Off: 0, Len: n}} {
 			reads(t, what, d, s, read(d, s))
-			writes(t, what, d, s, pattern(i, s.Len))
-			reads(t, what, d, s, pattern(i, s.Len))
+			writes(t, what, d, s, sample.Pattern(i, s.Len))
+			reads(t, what, d, s, sample.Pattern(i, s.Len))
 		}
 		for _, s := range []api.Span{{Off: n, Len: 1}, {Off: n - 1, Len: 2}, {Off: n / 2, Len: n - n/2 + 1}, {Off: 1, Len: n}, {Off: 0, Len: n + 1}, {Off: n + 1, Len: 1}, {Off: n, Len: 8}} {
 			readFails(t, what, d, s, api.ErrRange)
-			writeStays(t, what, d, s, pattern(1, s.Len), api.ErrRange)
+			writeStays(t, what, d, s, sample.Pattern(1, s.Len), api.ErrRange)
 		}
 	}
 }
@@ -118,7 +118,7 @@ func TestP12_1TheEndsOfTheArea(t *testing.T) {
 // A disk of eight sectors or fewer has no data, whatever stands on it.
 func TestP12_1NoData(t *testing.T) {
 	for size := 1; size <= 8; size++ {
-		d := filled(size)
+		d := sample.Filled(size)
 		d.Write(size-1, api.Sector{3})
 		what := fmt.Sprintf("of %d sectors", size)
 		for _, s := range append(noSpans(), api.Span{Off: 0, Len: 1}, api.Span{Off: 0, Len: 4}, api.Span{Off: 0, Len: 8}, api.Span{Off: 1, Len: 1}, api.Span{Off: 7, Len: 1}, api.Span{Off: 8, Len: 1}) {
@@ -136,7 +136,7 @@ func TestP12_1NoData(t *testing.T) {
 // Spans that no disk has are refused, as long as the bytes may be, and the fuse does not burn down.
 func TestP12_1NoSuchSpan(t *testing.T) {
 	for _, size := range []int{9, 12, 264, api.MaxDisk} {
-		d := filled(size)
+		d := sample.Filled(size)
 		d.Write(0, api.Sector{1})
 		d.Fuse(1)
 		what := fmt.Sprintf("of %d sectors", size)
@@ -146,7 +146,7 @@ func TestP12_1NoSuchSpan(t *testing.T) {
 				writeStays(t, what, d, s, make([]byte, n), api.ErrRange)
 			}
 		}
-		writes(t, what, d, api.Span{Off: 0, Len: 1}, pattern(1, 1))
+		writes(t, what, d, api.Span{Off: 0, Len: 1}, sample.Pattern(1, 1))
 		if d.Broken() {
 			t.Errorf("%s: what was refused burnt the fuse down", what)
 		}
@@ -155,7 +155,7 @@ func TestP12_1NoSuchSpan(t *testing.T) {
 
 func TestP12_1TooFewOrTooManyBytes(t *testing.T) {
 	for _, size := range []int{9, 12, 13, api.MaxDisk} {
-		d := filled(size)
+		d := sample.Filled(size)
 		d.Write(size-1, api.Sector{1})
 		d.Fuse(1)
 		what := fmt.Sprintf("of %d sectors", size)
@@ -174,7 +174,7 @@ func TestP12_1TooFewOrTooManyBytes(t *testing.T) {
 			// Bytes that lie behind the list's end are none of it.
 			writeStays(t, what, d, s, make([]byte, fits)[:fits-1], api.ErrArg)
 		}
-		writes(t, what, d, api.Span{Off: 0, Len: 1}, pattern(1, 1))
+		writes(t, what, d, api.Span{Off: 0, Len: 1}, sample.Pattern(1, 1))
 		if d.Broken() {
 			t.Errorf("%s: what was refused burnt the fuse down", what)
 		}
@@ -186,8 +186,8 @@ func TestP12_1TheDiskBreaks(t *testing.T) {
 	for _, s := range []api.Span{{Off: 0, Len: 1}, {Off: 3, Len: 1}, {Off: 0, Len: 4}, {Off: 1, Len: 3}, {Off: 4, Len: 4}, {Off: 2, Len: 8}, {Off: 0, Len: 16}} {
 		for k := range s.Len + 2 {
 			for spares := range uint64(4) {
-				d := filled(24)
-				was, b := d.Copy(), pattern(k, s.Len)
+				d := sample.Filled(24)
+				was, b := d.Copy(), sample.Pattern(k, s.Len)
 				d.Fuse(k)
 				what := fmt.Sprintf("%d operations left", k)
 				writes(t, what, d, s, b)
@@ -217,8 +217,8 @@ func TestP12_1TheDiskBreaks(t *testing.T) {
 func TestP12_1WhatWasWrittenAheadStays(t *testing.T) {
 	s := api.Span{Off: 1, Len: 5}
 	for k := range s.Len + 1 {
-		d := filled(16)
-		want, b := read(d, whole(16)), pattern(3, s.Len)
+		d := sample.Filled(16)
+		want, b := read(d, whole(16)), sample.Pattern(3, s.Len)
 		copy(want[16:], b[:16*k])
 		d.Fuse(k)
 		if err := data.Write(d, s, b); (err == api.ErrDown) != (k < s.Len) || (err == api.OK) != (k == s.Len) {
@@ -231,7 +231,7 @@ func TestP12_1WhatWasWrittenAheadStays(t *testing.T) {
 
 func TestP12_1ABrokenDisk(t *testing.T) {
 	for _, size := range []int{9, 12, 24, api.MaxDisk} {
-		d := filled(size)
+		d := sample.Filled(size)
 		d.Write(8, api.Sector{1})
 		d.Write(size-1, api.Sector{2})
 		told := read(d, whole(size))
@@ -242,11 +242,11 @@ func TestP12_1ABrokenDisk(t *testing.T) {
 		for range 2 {
 			for _, s := range []api.Span{{Off: 0, Len: 1}, {Off: size - 9, Len: 1}, whole(size)} {
 				readFails(t, "broken", d, s, api.ErrDown)
-				writeStays(t, "broken", d, s, pattern(1, s.Len), api.ErrDown)
+				writeStays(t, "broken", d, s, sample.Pattern(1, s.Len), api.ErrDown)
 			}
 			for _, s := range append(noSpans(), api.Span{Off: size - 8, Len: 1}, api.Span{Off: 1, Len: size - 8}) {
 				readFails(t, "broken", d, s, api.ErrRange)
-				writeStays(t, "broken", d, s, pattern(1, 1), api.ErrRange)
+				writeStays(t, "broken", d, s, sample.Pattern(1, 1), api.ErrRange)
 			}
 			showsNothing(t, "broken", d)
 			d.Fuse(9)
@@ -260,9 +260,9 @@ func TestP12_1ABrokenDisk(t *testing.T) {
 // A span that is not there comes ahead of bytes that don't fit, and both of them ahead of a disk that is broken, or breaks.
 func TestP12_1ErrorsInOrder(t *testing.T) {
 	good, bad := api.Span{Off: 1, Len: 3}, api.Span{Off: 1, Len: 4}
-	broken, breaks := sample.Broken(filled(12)), filled(12)
+	broken, breaks := sample.Broken(sample.Filled(12)), sample.Filled(12)
 	breaks.Fuse(0)
-	for _, d := range []*disk.Disk{filled(12), breaks, broken} {
+	for _, d := range []*disk.Disk{sample.Filled(12), breaks, broken} {
 		for _, n := range []int{0, 47, 48, 49, 64} {
 			writeStays(t, "no such sectors", d, bad, make([]byte, n), api.ErrRange)
 			writeStays(t, "no sectors", d, api.Span{}, make([]byte, n), api.ErrRange)
@@ -296,10 +296,10 @@ func TestP12_2EachExtent(t *testing.T) {
 		sizes = append(sizes, size)
 	}
 	for _, size := range sizes {
-		d := filled(size)
+		d := sample.Filled(size)
 		what := fmt.Sprintf("of %d sectors", size)
 		for e := range 64 {
-			b := pattern(e, 4)
+			b := sample.Pattern(e, 4)
 			if 8+4*e+3 >= size {
 				getFails(t, what, d, e, api.ErrRange)
 				setStays(t, what, d, e, b, api.ErrRange)
@@ -317,14 +317,14 @@ func TestP12_2EachExtent(t *testing.T) {
 func TestP12_2AnExtentThatLacksSectors(t *testing.T) {
 	for lacks := 1; lacks <= 4; lacks++ {
 		for _, e := range []int{0, 1, 2, 31, 62, 63} {
-			d := filled(8 + 4*e + 4 - lacks)
+			d := sample.Filled(8 + 4*e + 4 - lacks)
 			what := fmt.Sprintf("%d sectors are lacking", lacks)
 			getFails(t, what, d, e, api.ErrRange)
 			setStays(t, what, d, e, make([]byte, 64), api.ErrRange)
 			setStays(t, what, d, e, make([]byte, 64-16*lacks), api.ErrRange)
 			if e > 0 {
 				gets(t, what, d, e-1, read(d, extent(e-1)))
-				sets(t, what, d, e-1, pattern(e, 4))
+				sets(t, what, d, e-1, sample.Pattern(e, 4))
 			}
 		}
 	}
@@ -333,7 +333,7 @@ func TestP12_2AnExtentThatLacksSectors(t *testing.T) {
 // The greatest disk has sectors behind the last extent: a span can name them, an extent can not.
 func TestP12_2NoExtent(t *testing.T) {
 	for _, size := range []int{1, 8, 9, 12, 24, 264, api.MaxDisk} {
-		d := filled(size)
+		d := sample.Filled(size)
 		what := fmt.Sprintf("of %d sectors", size)
 		for _, e := range sample.NoExtents() {
 			getFails(t, what, d, e, api.ErrRange)
@@ -342,14 +342,14 @@ func TestP12_2NoExtent(t *testing.T) {
 			}
 		}
 	}
-	d := filled(api.MaxDisk)
+	d := sample.Filled(api.MaxDisk)
 	gets(t, "the last one", d, 63, read(d, api.Span{Off: 252, Len: 4}))
 	reads(t, "behind the last one", d, api.Span{Off: 256, Len: 4}, read(d, extent(64)))
 }
 
 func TestP12_2TooFewOrTooManyBytes(t *testing.T) {
 	for _, size := range []int{12, 264, api.MaxDisk} {
-		d := filled(size)
+		d := sample.Filled(size)
 		d.Fuse(0)
 		for n := range 200 {
 			if n != 64 {
@@ -366,8 +366,8 @@ func TestP12_2TooFewOrTooManyBytes(t *testing.T) {
 func TestP12_2TheDiskBreaks(t *testing.T) {
 	for _, e := range []int{0, 1, 3} {
 		for k := range 6 {
-			d := filled(24)
-			want, b := read(d, whole(24)), pattern(e, 4)
+			d := sample.Filled(24)
+			want, b := read(d, whole(24)), sample.Pattern(e, 4)
 			copy(want[64*e:], b[:16*min(k, 4)])
 			d.Fuse(k)
 			what := fmt.Sprintf("%d operations left", k)
@@ -386,7 +386,7 @@ func TestP12_2TheDiskBreaks(t *testing.T) {
 
 func TestP12_2Image(t *testing.T) {
 	for _, size := range []int{1, 2, 7, 8, 9, 10, 12, 24, 263, 264, 265, api.MaxDisk} {
-		d := filled(size)
+		d := sample.Filled(size)
 		what := fmt.Sprintf("of %d sectors", size)
 		if size <= 8 {
 			showsNothing(t, what, d)

@@ -59,26 +59,6 @@ func whole(size int) api.Span { return api.Span{Len: size - 8} }
 // extent: the span of the four sectors of extent e.
 func extent(e int) api.Span { return api.Span{Off: e + e + e + e, Len: 4} }
 
-// pattern: bytes for n sectors, each time of another kind others.
-func pattern(kind, n int) []byte {
-	b := sample.Bytes(16*n + kind%50)[kind%50:]
-	for i := range b {
-		b[i] ^= byte(kind * 11)
-	}
-	return b
-}
-
-// filled: a disk of that size with bytes in each sector, all of them durable.
-func filled(size int) *disk.Disk {
-	d := sample.Disk(size)
-	b := pattern(7, size)
-	for at := range size {
-		d.Write(at, api.Sector(b[16*at:16*at+16]))
-	}
-	d.Flush()
-	return d
-}
-
 // few: bytes as they are told in a test's words.
 func few(b []byte) string {
 	if len(b) > 80 {

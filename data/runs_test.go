@@ -21,7 +21,7 @@ type area struct {
 
 // newArea: of a disk of that size, bytes in each sector.
 func newArea(size int) *area {
-	a := &area{d: filled(size)}
+	a := &area{d: sample.Filled(size)}
 	for at := range a.front {
 		a.front[at] = a.d.Durable(at)
 	}
@@ -111,11 +111,11 @@ func TestP12_3EachSpan(t *testing.T) {
 		a := newArea(size)
 		for off := range size - 8 {
 			for length := 1; off+length <= size-8; length++ {
-				a.write(t, api.Span{Off: off, Len: length}, pattern(9*off+length, length))
+				a.write(t, api.Span{Off: off, Len: length}, sample.Pattern(9*off+length, length))
 			}
 		}
 		for e := range (size - 8) / 4 {
-			a.set(t, e, pattern(e, 4))
+			a.set(t, e, sample.Pattern(e, 4))
 		}
 	}
 }
@@ -123,21 +123,21 @@ func TestP12_3EachSpan(t *testing.T) {
 func TestP12_3WrittenOver(t *testing.T) {
 	a := newArea(16)
 	s := api.Span{Off: 2, Len: 4}
-	a.write(t, s, pattern(1, 4))
+	a.write(t, s, sample.Pattern(1, 4))
 	a.write(t, s, make([]byte, 64))
 	a.write(t, s, bytes.Repeat([]byte{255}, 64))
-	a.write(t, api.Span{Off: 3, Len: 2}, pattern(2, 2))
-	a.write(t, api.Span{Off: 0, Len: 3}, pattern(3, 3))
-	a.write(t, api.Span{Off: 5, Len: 3}, pattern(4, 3))
-	a.set(t, 0, pattern(5, 4))
-	a.set(t, 1, pattern(6, 4))
-	a.write(t, api.Span{Off: 0, Len: 8}, pattern(7, 8))
+	a.write(t, api.Span{Off: 3, Len: 2}, sample.Pattern(2, 2))
+	a.write(t, api.Span{Off: 0, Len: 3}, sample.Pattern(3, 3))
+	a.write(t, api.Span{Off: 5, Len: 3}, sample.Pattern(4, 3))
+	a.set(t, 0, sample.Pattern(5, 4))
+	a.set(t, 1, sample.Pattern(6, 4))
+	a.write(t, api.Span{Off: 0, Len: 8}, sample.Pattern(7, 8))
 }
 
 // A byte alone is another one: at each place of a span.
 func TestP12_3EachByte(t *testing.T) {
 	s := api.Span{Off: 1, Len: 3}
-	d := filled(16)
+	d := sample.Filled(16)
 	want := read(d, whole(16))
 	for i := range 48 {
 		b := bytes.Clone(want[16:64])
@@ -153,12 +153,12 @@ func TestP12_3ACrashBehindAWrite(t *testing.T) {
 	for _, size := range []int{12, 24} {
 		for _, mask := range []uint64{0, 1, 2, 4, 5, 8, 15, all - 1, all} {
 			a := newArea(size)
-			a.write(t, api.Span{Off: 0, Len: 4}, pattern(1, 4))
+			a.write(t, api.Span{Off: 0, Len: 4}, sample.Pattern(1, 4))
 			a.crash(t, mask)
-			a.write(t, api.Span{Off: size - 10, Len: 2}, pattern(2, 2))
-			a.write(t, api.Span{Off: 1, Len: 1}, pattern(3, 1))
+			a.write(t, api.Span{Off: size - 10, Len: 2}, sample.Pattern(2, 2))
+			a.write(t, api.Span{Off: 1, Len: 1}, sample.Pattern(3, 1))
 			a.crash(t, mask)
-			a.set(t, 0, pattern(4, 4))
+			a.set(t, 0, sample.Pattern(4, 4))
 			a.crash(t, mask)
 		}
 	}
@@ -167,13 +167,13 @@ func TestP12_3ACrashBehindAWrite(t *testing.T) {
 func TestP12_3ACrashBehindAFlush(t *testing.T) {
 	for _, mask := range []uint64{0, 1, all} {
 		a := newArea(24)
-		a.write(t, api.Span{Off: 3, Len: 6}, pattern(1, 6))
-		a.set(t, 3, pattern(2, 4))
+		a.write(t, api.Span{Off: 3, Len: 6}, sample.Pattern(1, 6))
+		a.set(t, 3, sample.Pattern(2, 4))
 		a.flush(t)
 		a.crash(t, mask)
-		a.write(t, api.Span{Off: 5, Len: 2}, pattern(3, 2))
+		a.write(t, api.Span{Off: 5, Len: 2}, sample.Pattern(3, 2))
 		a.crash(t, mask)
-		a.set(t, 1, pattern(4, 4))
+		a.set(t, 1, sample.Pattern(4, 4))
 		a.flush(t)
 		a.crash(t, mask)
 	}
@@ -214,17 +214,17 @@ func (a *area) happen(t *testing.T, w uint64) {
 		a.crash(t, w>>8)
 	case 2, 3, 4, 5:
 		if n >= 4 {
-			a.set(t, int(w>>8%uint64(min(n/4, 64))), pattern(int(w>>40%1000), 4))
+			a.set(t, int(w>>8%uint64(min(n/4, 64))), sample.Pattern(int(w>>40%1000), 4))
 		}
 	case 6:
-		a.write(t, api.Span{Off: 0, Len: n}, pattern(int(w>>40%1000), n))
+		a.write(t, api.Span{Off: 0, Len: n}, sample.Pattern(int(w>>40%1000), n))
 	case 7:
-		writeStays(t, "one sector too many", a.d, api.Span{Off: off, Len: n - off + 1}, pattern(1, n-off+1), api.ErrRange)
-		writeStays(t, "one byte too few", a.d, api.Span{Off: off, Len: length}, pattern(1, length)[1:], api.ErrArg)
+		writeStays(t, "one sector too many", a.d, api.Span{Off: off, Len: n - off + 1}, sample.Pattern(1, n-off+1), api.ErrRange)
+		writeStays(t, "one byte too few", a.d, api.Span{Off: off, Len: length}, sample.Pattern(1, length)[1:], api.ErrArg)
 		setStays(t, "no such extent", a.d, (n+3)/4, make([]byte, 64), api.ErrRange)
 		a.asked(t, "behind what is refused")
 	default:
-		a.write(t, api.Span{Off: off, Len: length}, pattern(int(w>>40%1000), length))
+		a.write(t, api.Span{Off: off, Len: length}, sample.Pattern(int(w>>40%1000), length))
 	}
 }
 
@@ -239,18 +239,18 @@ func TestP12_3LongRuns(t *testing.T) {
 
 // The greatest disk, by its Image alone: the disk's own sectors are held against the bytes behind each run.
 func TestP12_3TheGreatestDisk(t *testing.T) {
-	d := filled(api.MaxDisk)
+	d := sample.Filled(api.MaxDisk)
 	want := read(d, whole(api.MaxDisk))
 	for i, w := range sample.Words()[130:330] {
 		off := int(w >> 8 % 1016)
 		length := 1 + int(w>>24%uint64(1016-off))
-		b := pattern(i, length)
+		b := sample.Pattern(i, length)
 		writes(t, "the greatest", d, api.Span{Off: off, Len: length}, b)
 		copy(want[16*off:], b)
 		shows(t, "the greatest", d, want)
 		e := int(w >> 50 % 64)
-		sets(t, "the greatest", d, e, pattern(i+1, 4))
-		copy(want[64*e:], pattern(i+1, 4))
+		sets(t, "the greatest", d, e, sample.Pattern(i+1, 4))
+		copy(want[64*e:], sample.Pattern(i+1, 4))
 		shows(t, "the greatest", d, want)
 	}
 }
@@ -262,13 +262,13 @@ func TestR3BytesHandedIn(t *testing.T) {
 		"SetExtent": func(d *disk.Disk, b []byte) api.Errno { return data.SetExtent(d, 1, b) },
 	} {
 		for k := -1; k < 4; k++ {
-			room := pattern(5, 6)
-			d := filled(24)
+			room := sample.Pattern(5, 6)
+			d := sample.Filled(24)
 			d.Fuse(k)
 			if err := put(d, room[16:80]); (err == api.OK) != (k < 0) {
 				t.Errorf("%s, with %d operations left: %v", name, k, err)
 			}
-			if !bytes.Equal(room, pattern(5, 6)) {
+			if !bytes.Equal(room, sample.Pattern(5, 6)) {
 				t.Errorf("%s changed the bytes that were handed in, or those about them", name)
 			}
 			was := d.Copy()
@@ -277,8 +277,8 @@ func TestR3BytesHandedIn(t *testing.T) {
 				t.Errorf("%s kept the bytes that were handed in", name)
 			}
 		}
-		room := pattern(5, 6)
-		if d := filled(24); put(d, room[:63]) != api.ErrArg || !bytes.Equal(room, pattern(5, 6)) {
+		room := sample.Pattern(5, 6)
+		if d := sample.Filled(24); put(d, room[:63]) != api.ErrArg || !bytes.Equal(room, sample.Pattern(5, 6)) {
 			t.Errorf("%s of too few bytes changed them, or was not refused", name)
 		}
 	}
@@ -291,7 +291,7 @@ func TestR3Answers(t *testing.T) {
 		"Extent": func(d *disk.Disk) []byte { b, _ := data.Extent(d, 0); return b },
 		"Image":  data.Image,
 	} {
-		d := filled(12)
+		d := sample.Filled(12)
 		d.Write(9, api.Sector{1, 2, 3})
 		was, want := d.Copy(), read(d, whole(12))
 		first, second := get(d), get(d)
@@ -315,10 +315,10 @@ func TestR3Answers(t *testing.T) {
 func TestR4DisksGoTheirOwnWays(t *testing.T) {
 	one, other := newArea(12), newArea(16)
 	for i := range 20 {
-		one.write(t, api.Span{Off: i % 3, Len: 2}, pattern(i, 2))
+		one.write(t, api.Span{Off: i % 3, Len: 2}, sample.Pattern(i, 2))
 		copied := one.d.Copy()
-		writes(t, "a copy", copied, api.Span{Off: 0, Len: 4}, pattern(i+100, 4))
-		other.set(t, i%2, pattern(i+50, 4))
+		writes(t, "a copy", copied, api.Span{Off: 0, Len: 4}, sample.Pattern(i+100, 4))
+		other.set(t, i%2, sample.Pattern(i+50, 4))
 		one.asked(t, "one")
 		other.asked(t, "the other")
 	}

@@ -33,7 +33,7 @@ func (c change) aim(has uint64) uint64 {
 	if c.isPut {
 		return c.mask
 	}
-	return without(has, c.e)
+	return sample.Without(has, c.e)
 }
 
 // do: the change is asked for: what is told to be left, and the error. A Put tells nothing: where it is done, its mask is what is left.

@@ -24,25 +24,6 @@ const (
 // latest: the number and the mask that the bitmap holds, by the words of chapters 7 and 11, of a disk that works and has room for it.
 func latest(d *disk.Disk) (uint32, uint64) { return sample.RingLatest(d, 6, 2) }
 
-// without: the set without e, number by number.
-func without(mask uint64, e int) uint64 {
-	var left uint64
-	for n := range 64 {
-		if n != e {
-			left |= mask & (1 << n)
-		}
-	}
-	return left
-}
-
-// turn: what a Put of mask does to a disk that works and has room for the bitmap: nothing, if that is its mask; else a Write of just the next record, and a Flush.
-func turn(d *disk.Disk, mask uint64) api.Errno {
-	if _, has := latest(d); has == mask {
-		return api.OK
-	}
-	return sample.RingPut(d, 6, 2, mask)
-}
-
 // tells: is that the mask, and is the disk as it was?
 func tells(t *testing.T, what string, d *disk.Disk, mask uint64) {
 	t.Helper()
@@ -59,7 +40,7 @@ func tells(t *testing.T, what string, d *disk.Disk, mask uint64) {
 func puts(t *testing.T, what string, d *disk.Disk, mask uint64) {
 	t.Helper()
 	want := d.Copy()
-	turn(want, mask)
+	sample.RingTurn(want, 6, 2, mask)
 	if err := dirty.Put(d, mask); err != api.OK {
 		t.Errorf("%s: Put(%#x): %v", what, mask, err)
 	}
@@ -73,9 +54,9 @@ func puts(t *testing.T, what string, d *disk.Disk, mask uint64) {
 func clears(t *testing.T, what string, d *disk.Disk, e int) {
 	t.Helper()
 	_, has := latest(d)
-	left := without(has, e)
+	left := sample.Without(has, e)
 	want := d.Copy()
-	turn(want, left)
+	sample.RingTurn(want, 6, 2, left)
 	if got, err := dirty.Clear(d, e); got != left || err != api.OK {
 		t.Errorf("%s: Clear(%d) of %#x: %#x, %v, want %#x", what, e, has, got, err, left)
 	}
@@ -253,7 +234,7 @@ func TestP11_1TheSameMask(t *testing.T) {
 			d.Fuse(k)
 			putStays(t, "the same mask", d, mask, api.OK)
 			for e := -1; e <= 64; e++ {
-				if without(mask, e) == mask {
+				if sample.Without(mask, e) == mask {
 					clearStays(t, "not in the set", d, e, mask, api.OK)
 				}
 			}
@@ -374,7 +355,7 @@ func TestP11_1WhateverTheRingHolds(t *testing.T) {
 		d.Fuse(int(words[i+2]%5) - 1)
 		putStays(t, what, d, mask, api.OK)
 		for e := range 64 {
-			left := without(mask, e)
+			left := sample.Without(mask, e)
 			if left == mask {
 				clearStays(t, what, d, e, mask, api.OK)
 				continue

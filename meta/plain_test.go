@@ -34,12 +34,9 @@ func (r ring) word(d *disk.Disk) uint64 {
 	return word
 }
 
-// turn: what a Put of that mask does to a disk that works and has the ring: nothing, if the ring tells it; else a Write of just the next record, and a Flush.
+// turn: what a Put of that mask does to a disk that works and has the ring.
 func (r ring) turn(d *disk.Disk, mask uint64) api.Errno {
-	if r.word(d) == mask {
-		return api.OK
-	}
-	return sample.RingPut(d, r.base, r.sectors, mask)
+	return sample.RingTurn(d, r.base, r.sectors, mask)
 }
 
 // lay: the ring has one record, of that number and word.

@@ -11,10 +11,10 @@ import (
 
 func TestP17_3AGoodMessageComesBack(t *testing.T) {
 	count := map[int]int{}
-	for _, m := range goods() {
+	for _, m := range sample.Messages() {
 		b := pack.Bytes(m)
 		got, e := pack.Parse(b)
-		if e != api.OK || !alike(got, m) || !pack.Same(got, m) {
+		if e != api.OK || !sample.AlikeMessages(got, m) || !pack.Same(got, m) {
 			t.Fatalf("Parse of Bytes(%+v), %v: %+v, %v", m, b, got, e)
 		}
 		if !pack.Good(got) {
@@ -22,7 +22,7 @@ func TestP17_3AGoodMessageComesBack(t *testing.T) {
 		}
 		count[m.Kind]++
 	}
-	for _, kind := range kinds() {
+	for _, kind := range sample.MessageKinds() {
 		if count[kind] == 0 {
 			t.Errorf("of kind %d none was tried", kind)
 		}
@@ -52,10 +52,10 @@ func TestP17_3MessagesOfNoPattern(t *testing.T) {
 			t.Fatalf("%+v is not good", m)
 		}
 		b := pack.Bytes(m)
-		if got, e := pack.Parse(b); e != api.OK || !alike(got, m) {
+		if got, e := pack.Parse(b); e != api.OK || !sample.AlikeMessages(got, m) {
 			t.Fatalf("Parse(%v): %+v, %v, want %+v", b, got, e, m)
 		}
-		if first, there := seen[string(b)]; there && !alike(first, m) {
+		if first, there := seen[string(b)]; there && !sample.AlikeMessages(first, m) {
 			t.Fatalf("Bytes of %+v and of %+v are both %v", first, m, b)
 		}
 		seen[string(b)] = m
@@ -69,13 +69,13 @@ func TestP17_3BytesComeBack(t *testing.T) {
 		read(t, []byte{byte(a)})
 		for b := range 256 {
 			read(t, []byte{byte(a), byte(b)})
-			for _, kind := range kinds() {
+			for _, kind := range sample.MessageKinds() {
 				read(t, []byte{byte(kind), byte(a), byte(b)})
 			}
 		}
 	}
 	counts := map[api.Errno]int{}
-	for _, kind := range append(kinds(), 0, 9, 255) {
+	for _, kind := range append(sample.MessageKinds(), 0, 9, 255) {
 		for size := 1; size < 260; size++ {
 			for skip := range 40 {
 				b := sample.Bytes(size + skip)[skip:]
@@ -123,7 +123,7 @@ func TestP17_3SpoiltBytesComeBack(t *testing.T) {
 }
 
 func TestR3WhatIsHandedInStaysAsItWas(t *testing.T) {
-	for _, m := range append(goods(), api.Message{Kind: 9, Data: sample.Bytes(20)}, api.Message{Kind: pack.Ext, Data: sample.Bytes(63)}) {
+	for _, m := range append(sample.Messages(), api.Message{Kind: 9, Data: sample.Bytes(20)}, api.Message{Kind: pack.Ext, Data: sample.Bytes(63)}) {
 		for _, room := range []int{0, 1, 16, 200} {
 			whole := m
 			var memory []byte
@@ -149,7 +149,7 @@ func TestR3WhatIsHandedInStaysAsItWas(t *testing.T) {
 
 // What is handed in may be changed behind the call, and what was answered stays as it was.
 func TestR3WhatIsHandedInIsNotKept(t *testing.T) {
-	for _, m := range goods() {
+	for _, m := range sample.Messages() {
 		handed := m
 		handed.Data, _ = sample.WithRoom(m.Data, 99, 20)
 		b := pack.Bytes(handed)
@@ -159,7 +159,7 @@ func TestR3WhatIsHandedInIsNotKept(t *testing.T) {
 		}
 		got, _ := pack.Parse(b)
 		sample.Spoil(b)
-		if !alike(got, m) {
+		if !sample.AlikeMessages(got, m) {
 			t.Fatalf("Parse of the bytes of %+v, and they are changed: %+v", m, got)
 		}
 	}
@@ -167,7 +167,7 @@ func TestR3WhatIsHandedInIsNotKept(t *testing.T) {
 
 // An answer may be changed, with its spare room: neither what was handed in nor another answer shows it.
 func TestR3AnswersAreNewMemory(t *testing.T) {
-	for _, m := range goods() {
+	for _, m := range sample.Messages() {
 		handed := m
 		var memory []byte
 		handed.Data, memory = sample.WithRoom(m.Data, 99, 20)
@@ -182,7 +182,7 @@ func TestR3AnswersAreNewMemory(t *testing.T) {
 		first, _ := pack.Parse(b)
 		second, _ := pack.Parse(b)
 		sample.Spoil(first.Data)
-		if !bytes.Equal(memory, was) || !alike(second, m) {
+		if !bytes.Equal(memory, was) || !sample.AlikeMessages(second, m) {
 			t.Fatalf("Parse(%v) is changed: the bytes and the room behind them are %v, another answer %+v", b, memory, second)
 		}
 	}
@@ -227,7 +227,7 @@ func TestR4NothingIsKept(t *testing.T) {
 				if got := pack.Bytes(c.m); !bytes.Equal(got, c.b) {
 					t.Fatalf("Bytes(%+v): %v, want %v", c.m, got, c.b)
 				}
-				if got, e := pack.Parse(c.b); e != api.OK || !alike(got, c.m) {
+				if got, e := pack.Parse(c.b); e != api.OK || !sample.AlikeMessages(got, c.m) {
 					t.Fatalf("Parse(%v): %+v, %v, want %+v", c.b, got, e, c.m)
 				}
 			}

@@ -13,8 +13,8 @@ import (
 
 func TestP17_1TheKindsNumbers(t *testing.T) {
 	got := []int{pack.Greet, pack.Data, pack.Ack, pack.Over, pack.Retry, pack.Ext, pack.Have, pack.End}
-	if !slices.Equal(got, kinds()) {
-		t.Errorf("Greet to End: %v, want %v", got, kinds())
+	if !slices.Equal(got, sample.MessageKinds()) {
+		t.Errorf("Greet to End: %v, want %v", got, sample.MessageKinds())
 	}
 }
 
@@ -125,8 +125,8 @@ func TestP17_1WhatAKindDoesNotHave(t *testing.T) {
 }
 
 func TestP17_1WrongKinds(t *testing.T) {
-	for _, kind := range noKinds() {
-		for _, m := range goods() {
+	for _, kind := range sample.NoMessageKinds() {
+		for _, m := range sample.Messages() {
 			m.Kind = kind
 			asked(t, m, false)
 		}
@@ -137,12 +137,12 @@ func TestP17_1WrongKinds(t *testing.T) {
 
 // All fields crossed, of each kind and of some that are none: of each kind some are good.
 func TestP17_1AllCrossed(t *testing.T) {
-	for _, kind := range append(kinds(), 0, 9, -1, 256+3, math.MinInt+8) {
+	for _, kind := range append(sample.MessageKinds(), 0, 9, -1, 256+3, math.MinInt+8) {
 		good := 0
 		for _, m := range slices.Concat(
 			messages(kind, []int{0, 1, greatestId, greatestId + 1, -1}, []int{0, 63, 64, 255, 256, -1}, []int{0, 15, 16, 17, 64, 128, 129, 144}, []uint64{0, 1, 1 << 63}),
-			messages(kind, ids(), []int{0, 5}, []int{0, 16, 64}, masks()),
-			messages(kind, []int{0, 3}, offs(), []int{0, 16, 64}, masks()),
+			messages(kind, ids(), []int{0, 5}, []int{0, 16, 64}, sample.FewWords()),
+			messages(kind, []int{0, 3}, offs(), []int{0, 16, 64}, sample.FewWords()),
 			messages(kind, []int{0, 3}, []int{0, 7}, sizes(), []uint64{0, 2}),
 		) {
 			if looked(t, m) {
@@ -200,7 +200,7 @@ func TestP17_2ByExample(t *testing.T) {
 		if got := pack.Bytes(c.m); !bytes.Equal(got, c.b) {
 			t.Errorf("Bytes(%+v): %v, want %v", c.m, got, c.b)
 		}
-		if got, e := pack.Parse(c.b); !alike(got, c.m) || e != api.OK {
+		if got, e := pack.Parse(c.b); !sample.AlikeMessages(got, c.m) || e != api.OK {
 			t.Errorf("Parse(%v): %+v, %v, want %+v", c.b, got, e, c.m)
 		}
 	}
@@ -208,7 +208,7 @@ func TestP17_2ByExample(t *testing.T) {
 }
 
 func TestP17_2Bytes(t *testing.T) {
-	for _, m := range goods() {
+	for _, m := range sample.Messages() {
 		if !looked(t, m) {
 			t.Fatalf("%+v is not good", m)
 		}
@@ -324,7 +324,7 @@ func TestP17_2Name(t *testing.T) {
 			t.Errorf("Name(%d): %q, want %q", kind, got, want)
 		}
 	}
-	for _, kind := range noKinds() {
+	for _, kind := range sample.NoMessageKinds() {
 		if got := pack.Name(kind); got != "unknown" {
 			t.Errorf("Name(%d): %q, want unknown", kind, got)
 		}

@@ -27,7 +27,7 @@ func TestP17_2ParseOfBytesCutOff(t *testing.T) {
 			}
 		}
 	}
-	for _, m := range goods() {
+	for _, m := range sample.Messages() {
 		b := bytesOf(m)
 		for have := range b {
 			read(t, b[:have])
@@ -61,7 +61,7 @@ func TestP17_2ParseOfBytesMore(t *testing.T) {
 		}
 		refused(t, append(bytes.Clone(c.b), c.b...)[:min(2*len(c.b), api.MaxBody)], api.ErrBad)
 	}
-	for _, m := range goods() {
+	for _, m := range sample.Messages() {
 		refused(t, append(bytesOf(m), 0), api.ErrBad)
 	}
 	// A whole sector more is a write of more sectors, up to the most of them.
@@ -84,7 +84,7 @@ func TestP17_2ParseOfManyBytes(t *testing.T) {
 			refused(t, row, api.ErrLong)
 		}
 	}
-	for _, m := range goods() {
+	for _, m := range sample.Messages() {
 		b := append(bytesOf(m), make([]byte, api.MaxBody+1)...)
 		refused(t, b[:api.MaxBody], api.ErrBad)
 		refused(t, b[:api.MaxBody+1], api.ErrLong)
@@ -103,7 +103,7 @@ func TestP17_2ParseOfNoKind(t *testing.T) {
 			b[0] = byte(first)
 			refused(t, b, api.ErrBad)
 		}
-		for _, m := range goods()[:60] {
+		for _, m := range sample.Messages()[:60] {
 			b := bytesOf(m)
 			b[0] = byte(first)
 			refused(t, b, api.ErrBad)
@@ -121,7 +121,7 @@ func TestP17_2ParseOfAnotherWas(t *testing.T) {
 			continue
 		}
 		want := api.Message{Kind: pack.Greet, Was: was == 1, Mask: 0x0102030405060708}
-		if got, e := pack.Parse(b); !alike(got, want) || e != api.OK {
+		if got, e := pack.Parse(b); !sample.AlikeMessages(got, want) || e != api.OK {
 			t.Errorf("Parse(%v): %+v, %v, want %+v", b, got, e, want)
 		}
 	}
@@ -165,7 +165,7 @@ func TestP17_2ParseOfEachOff(t *testing.T) {
 		} {
 			if !c.ok {
 				refused(t, c.b, api.ErrBad)
-			} else if got, e := pack.Parse(c.b); !alike(got, c.want) || e != api.OK {
+			} else if got, e := pack.Parse(c.b); !sample.AlikeMessages(got, c.want) || e != api.OK {
 				t.Fatalf("Parse(%v): %+v, %v, want %+v", c.b, got, e, c.want)
 			}
 		}
@@ -224,7 +224,7 @@ func TestP17_2TheOrderOfErrors(t *testing.T) {
 		{"no kind, of one byte", []byte{0}, api.ErrBad},
 		{"no kind, of few bytes", []byte{255, 0}, api.ErrBad},
 	} {
-		if got, e := pack.Parse(c.b); e != c.want || !alike(got, api.Message{}) {
+		if got, e := pack.Parse(c.b); e != c.want || !sample.AlikeMessages(got, api.Message{}) {
 			t.Errorf("%s: %+v, %v, want %v", c.what, got, e, c.want)
 		}
 	}

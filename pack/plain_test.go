@@ -96,32 +96,9 @@ func parsed(b []byte) (api.Message, api.Errno) {
 	return m, api.OK
 }
 
-// alike: have two messages the same fields, Data byte by byte? It is asked by what == tells of each field, so that no test of Parse hangs on Same.
-func alike(a, b api.Message) bool {
-	type plain struct {
-		kind, id, off int
-		mask          uint64
-		was           bool
-		data          string
-	}
-	return plain{a.Kind, a.Id, a.Off, a.Mask, a.Was, string(a.Data)} == plain{b.Kind, b.Id, b.Off, b.Mask, b.Was, string(b.Data)}
-}
-
-// kinds: all eight.
-func kinds() []int { return []int{1, 2, 3, 4, 5, 6, 7, 8} }
-
-// noKinds: numbers that are none of the eight; many have a kind's lowest byte, or its lowest bits.
-func noKinds() []int {
-	list := []int{0, -1, -2, -8, 9, 10, 16, 255, 256, 512, 1 << 16, 1 << 31, 1 << 32, math.MaxInt32, math.MinInt32, math.MaxInt - 1, math.MaxInt, math.MinInt}
-	for _, kind := range kinds() {
-		list = append(list, -kind, 16+kind, 128+kind, 256+kind, 1<<16+kind, 1<<32+kind, 1<<62+kind, kind-256, math.MinInt+kind)
-	}
-	return list
-}
-
 // ids: those that may be, at both ends and with all bytes unlike, and those that may not.
 func ids() []int {
-	return []int{1, 2, 5, 255, 256, 1 << 24, 1<<31 - 1, 1 << 31, 1<<32 - 1, 1 << 32, 0x0102030405060708 % (1 << 56), greatestId - 1, greatestId, 0, -1, -5, math.MinInt32, -greatestId, math.MinInt + 1, math.MinInt, greatestId + 1, greatestId + 2, 1 << 57, math.MaxInt - 1, math.MaxInt}
+	return append(sample.Ids(), 0, -1, -5, math.MinInt32, -greatestId, math.MinInt+1, math.MinInt, greatestId+1, greatestId+2, 1<<57, math.MaxInt-1, math.MaxInt)
 }
 
 // offs: those at and beside the ends of a data area and of its extents, those whose lowest 16 bits may be, and those at the ends of an int.
@@ -138,11 +115,6 @@ func sizes() []int {
 	return list
 }
 
-// masks: none, one bit at either end, all, and some of no pattern.
-func masks() []uint64 {
-	return []uint64{0, 1, 1 << 63, math.MaxUint64, 0x0102030405060708, 0xf1e2d3c4b5a69788}
-}
-
 // messages: of that kind, whatever it has, all fields crossed.
 func messages(kind int, ids, offs, sizes []int, masks []uint64) []api.Message {
 	var list []api.Message
@@ -155,33 +127,6 @@ func messages(kind int, ids, offs, sizes []int, masks []uint64) []api.Message {
 					}
 				}
 			}
-		}
-	}
-	return list
-}
-
-// goods: messages of each kind that may be, with each edge of what they have, and Data of noughts, of 255s and of no pattern.
-func goods() []api.Message {
-	list := []api.Message{{Kind: 8}}
-	for _, m := range masks() {
-		list = append(list, api.Message{Kind: 1, Mask: m}, api.Message{Kind: 1, Mask: m, Was: true})
-	}
-	for _, id := range ids()[:13] {
-		for _, kind := range []int{3, 4, 5} {
-			list = append(list, api.Message{Kind: kind, Id: id})
-		}
-		for _, off := range []int{0, 1, 254, 255} {
-			for size := 16; size <= 128; size += 16 {
-				for _, data := range [][]byte{make([]byte, size), bytes.Repeat([]byte{255}, size), sample.Bytes(size)} {
-					list = append(list, api.Message{Kind: 2, Id: id, Off: off, Data: data})
-				}
-			}
-		}
-	}
-	for off := range 64 {
-		list = append(list, api.Message{Kind: 7, Off: off})
-		for _, data := range [][]byte{make([]byte, 64), bytes.Repeat([]byte{255}, 64), sample.Bytes(64)} {
-			list = append(list, api.Message{Kind: 6, Off: off, Data: data})
 		}
 	}
 	return list
@@ -209,7 +154,7 @@ func read(t *testing.T, b []byte) api.Errno {
 	t.Helper()
 	want, wantE := parsed(b)
 	got, e := pack.Parse(b)
-	if e != wantE || !alike(got, want) {
+	if e != wantE || !sample.AlikeMessages(got, want) {
 		t.Fatalf("Parse(%v): %+v, %v, want %+v, %v", b, got, e, want, wantE)
 	}
 	if back := pack.Bytes(got); e == api.OK && !bytes.Equal(back, b) {
@@ -221,7 +166,7 @@ func read(t *testing.T, b []byte) api.Errno {
 // refused: is Parse's answer that error alone?
 func refused(t *testing.T, b []byte, want api.Errno) {
 	t.Helper()
-	if got, e := pack.Parse(b); e != want || !alike(got, api.Message{}) {
+	if got, e := pack.Parse(b); e != want || !sample.AlikeMessages(got, api.Message{}) {
 		t.Fatalf("Parse(%v): %+v, %v, want the zero one, %v", b, got, e, want)
 	}
 }

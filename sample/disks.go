@@ -26,6 +26,26 @@ func Broken(d *disk.Disk) *disk.Disk {
 	return d
 }
 
+// Pattern: bytes for n sectors, each time of another kind others.
+func Pattern(kind, n int) []byte {
+	b := Bytes(api.SectorSize*n + kind%50)[kind%50:]
+	for i := range b {
+		b[i] ^= byte(kind * 11)
+	}
+	return b
+}
+
+// Filled: a disk of that size with bytes in each sector, all of them durable; none of its sectors is a record.
+func Filled(size int) *disk.Disk {
+	d := Disk(size)
+	b := Pattern(7, size)
+	for at := range size {
+		d.Write(at, api.Sector(b[api.SectorSize*at:]))
+	}
+	d.Flush()
+	return d
+}
+
 // Alike: do two disks tell the same, of each sector too? A copy made ahead of a call shows so what the call did.
 func Alike(a, b *disk.Disk) bool {
 	if a.Size() != b.Size() || a.Broken() != b.Broken() || a.Ops() != b.Ops() || !slices.Equal(a.Cached(), b.Cached()) {

@@ -1,11 +1,13 @@
 package sample_test
 
 import (
+	"bytes"
 	"testing"
 
 	"twain/api"
 	"twain/disk"
 	"twain/sample"
+	"twain/seal"
 )
 
 func TestDisk(t *testing.T) {
@@ -32,6 +34,44 @@ func TestLayAndBroken(t *testing.T) {
 	ops := d.Ops()
 	if b := sample.Broken(d); b != d || !d.Broken() || d.Ops() != ops || len(d.Cached()) != 1 || d.Durable(3) != (api.Sector{}) {
 		t.Errorf("Broken: %v, Ops %d, Cached %v, %v", d.Broken(), d.Ops(), d.Cached(), d.Durable(3))
+	}
+}
+
+// Each kind has others, as many as the sectors have, and the same ones at each call.
+func TestPattern(t *testing.T) {
+	seen := map[string]int{}
+	for kind := range 200 {
+		for _, n := range []int{1, 4, 8} {
+			b := sample.Pattern(kind, n)
+			if len(b) != 16*n || !bytes.Equal(b, sample.Pattern(kind, n)) {
+				t.Errorf("Pattern(%d, %d): %d bytes: %v", kind, n, len(b), b)
+			}
+			if other, there := seen[string(b)]; there {
+				t.Errorf("Pattern(%d, %d) is that of %d", kind, n, other)
+			}
+			seen[string(b)] = kind
+		}
+	}
+}
+
+// All sectors have bytes of their own, which are durable, and no ring has a record.
+func TestFilled(t *testing.T) {
+	for _, size := range []int{1, 8, 12, api.MaxDisk} {
+		d := sample.Filled(size)
+		seen := map[api.Sector]int{{}: -1}
+		for at := range size {
+			s := d.Durable(at)
+			if other, there := seen[s]; there {
+				t.Errorf("Filled(%d): sector %d is alike to %d", size, at, other)
+			}
+			seen[s] = at
+			if _, _, ok := seal.Open(s); ok {
+				t.Errorf("Filled(%d): sector %d is a record", size, at)
+			}
+		}
+		if d.Size() != size || len(d.Cached()) != 0 || d.Broken() {
+			t.Errorf("Filled(%d): of %d sectors, Cached %v, Broken %v", size, d.Size(), d.Cached(), d.Broken())
+		}
 	}
 }
 

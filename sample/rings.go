@@ -36,6 +36,14 @@ func RingPut(d *disk.Disk, base, ring int, word uint64) api.Errno {
 	return d.Flush()
 }
 
+// RingTurn: what the Put of a log, or of a bitmap, does, by the words of chapters 10 and 11: nothing, if the ring's latest word is that already; else a RingPut.
+func RingTurn(d *disk.Disk, base, ring int, word uint64) api.Errno {
+	if _, has := RingLatest(d, base, ring); has == word {
+		return api.OK
+	}
+	return RingPut(d, base, ring, word)
+}
+
 // RingSector: what a word of no pattern chooses for sector i of a ring: mostly a record at its place, of a number that is small, or great, or any.
 func RingSector(w uint64, i, ring int) api.Sector {
 	n := uint32(w>>8) % 30

@@ -62,6 +62,29 @@ func TestRingPut(t *testing.T) {
 	}
 }
 
+// The word that the ring has costs nothing; another one is a RingPut, with its error.
+func TestRingTurn(t *testing.T) {
+	for k := -1; k < 4; k++ {
+		for _, word := range []uint64{0, 20, 30} {
+			d := sample.Disk(8)
+			sample.Lay(d, 4, seal.Record(2, 20))
+			d.Write(0, api.Sector{1})
+			d.Fuse(k)
+			want, wantE := d.Copy(), api.OK
+			if word != 20 {
+				wantE = sample.RingPut(want, 2, 4, word)
+			}
+			if e := sample.RingTurn(d, 2, 4, word); e != wantE || !sample.Alike(d, want) {
+				t.Errorf("RingTurn of %d with %d operations left: %v, want %v; Cached %v, Ops %d", word, k, e, wantE, d.Cached(), d.Ops())
+			}
+		}
+	}
+	fresh := sample.Disk(8)
+	if e := sample.RingTurn(fresh, 2, 4, 0); e != api.OK || fresh.Ops() != 0 {
+		t.Errorf("RingTurn of 0 on a fresh disk: %v, Ops %d", e, fresh.Ops())
+	}
+}
+
 // Of all that a sector may hold there is some.
 func TestRingSector(t *testing.T) {
 	var home, away, nought, none int

@@ -1,4 +1,4 @@
-// Package sample has what the tests of several layers need: inputs that they try, orders and runs to try them in, whether memory is shared, disks, whether two disks are alike, and the rings on them by plain words. No layer calls it.
+// Package sample has what the tests of several layers need: inputs that they try, orders and runs to try them in, whether memory is shared, messages, disks, whether two disks are alike, and the rings on them by plain words. No layer calls it.
 package sample
 
 import (
@@ -17,6 +17,11 @@ func Words() []uint64 {
 		all = append(all, uint64(1)<<n, ^(uint64(1) << n))
 	}
 	return append(all, mixed(2000)...)
+}
+
+// FewWords: the ends, one bit at either end, and words all of whose bytes are unlike.
+func FewWords() []uint64 {
+	return []uint64{0, 1, 1 << 63, math.MaxUint64, 0x0102030405060708, 0xf1e2d3c4b5a69788}
 }
 
 // Ends: both ends of an int, and what looks like a small number by its low bits alone.
@@ -58,6 +63,17 @@ func Members(set uint64) []int {
 	return list
 }
 
+// Without: the set without that number, number by number.
+func Without(set uint64, number int) uint64 {
+	var left uint64
+	for _, n := range Members(set) {
+		if n != number {
+			left |= 1 << n
+		}
+	}
+	return left
+}
+
 // Bytes: n bytes of no pattern; the same ones at each call.
 func Bytes(n int) []byte {
 	list := make([]byte, n)
@@ -90,9 +106,14 @@ func Number(b []byte) uint64 {
 func Lists() [][]byte {
 	all := [][]byte{nil, {}, []byte("123456789"), {1}, {127}, {128}}
 	for _, size := range []int{1, 2, 3, 4, 5, 8, 9, 16, 31, 64, 100, 512} {
-		all = append(all, make([]byte, size), bytes.Repeat([]byte{255}, size), Bytes(size))
+		all = append(all, Sorts(size)...)
 	}
 	return all
+}
+
+// Sorts: so many bytes, all 0, all 255, and of no pattern.
+func Sorts(size int) [][]byte {
+	return [][]byte{make([]byte, size), bytes.Repeat([]byte{255}, size), Bytes(size)}
 }
 
 // Turned: b with the bits of mask turned in the four bytes from place on, as far as there are such.

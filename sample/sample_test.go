@@ -103,6 +103,59 @@ func TestMembers(t *testing.T) {
 	}
 }
 
+// The number is gone, and all others are left, of each set and each number, and of those that are none.
+func TestWithout(t *testing.T) {
+	for _, c := range []struct {
+		set    uint64
+		number int
+		want   uint64
+	}{{6, 1, 4}, {6, 0, 6}, {4, 2, 0}, {1<<63 + 1, 63, 1}, {math.MaxUint64, 0, math.MaxUint64 - 1}, {6, -1, 6}, {6, 65, 6}, {0, 3, 0}} {
+		if got := sample.Without(c.set, c.number); got != c.want {
+			t.Errorf("Without(%#x, %d): %#x, want %#x", c.set, c.number, got, c.want)
+		}
+	}
+	for _, set := range sample.Words() {
+		for _, n := range sample.Members(set) {
+			if got := sample.Without(set, n); got != set-1<<n {
+				t.Fatalf("Without(%#x, %d): %#x", set, n, got)
+			}
+		}
+		for _, n := range sample.NoExtents() {
+			if got := sample.Without(set, n); got != set {
+				t.Fatalf("Without(%#x, %d): %#x", set, n, got)
+			}
+		}
+	}
+}
+
+// The ends are among them, and no word is there twice.
+func TestFewWords(t *testing.T) {
+	list := sample.FewWords()
+	if slices.Min(list) != 0 || slices.Max(list) != math.MaxUint64 || !slices.Contains(list, 1) || !slices.Contains(list, 1<<63) {
+		t.Errorf("FewWords: %v", list)
+	}
+	slices.Sort(list)
+	if n := len(list); len(slices.Compact(list)) != n {
+		t.Errorf("FewWords: one of %v is there twice", list)
+	}
+}
+
+// So many bytes each, all of another sort, and none shares memory with another.
+func TestSorts(t *testing.T) {
+	for _, size := range []int{1, 16, 64} {
+		first, second := sample.Sorts(size), sample.Sorts(size)
+		for i, b := range first {
+			if len(b) != size || size > 1 && slices.ContainsFunc(first[:i], func(other []byte) bool { return bytes.Equal(other, b) }) {
+				t.Errorf("Sorts(%d): %v", size, first)
+			}
+			sample.Spoil(b)
+			if bytes.Equal(b, second[i]) || i > 0 && !bytes.Equal(first[0], first[i]) {
+				t.Errorf("Sorts(%d): answers share memory", size)
+			}
+		}
+	}
+}
+
 func TestHighestFirst(t *testing.T) {
 	for _, c := range []struct {
 		n    uint64

@@ -1,0 +1,62 @@
+package sample
+
+import (
+	"math"
+
+	"twain/api"
+)
+
+// MessageKinds: the kinds of messages; they rise.
+func MessageKinds() []int { return []int{1, 2, 3, 4, 5, 6, 7, 8} }
+
+// NoMessageKinds: numbers of no kind of messages; many have a kind's lowest byte, or its lowest bits.
+func NoMessageKinds() []int {
+	list := []int{0, -1, -2, -8, 9, 10, 16, 255, 256, 512, 1 << 16, 1 << 31, 1 << 32, math.MaxInt32, math.MinInt32, math.MaxInt - 1, math.MaxInt, math.MinInt}
+	for _, kind := range MessageKinds() {
+		list = append(list, -kind, 16+kind, 128+kind, 256+kind, 1<<16+kind, 1<<32+kind, 1<<62+kind, kind-256, math.MinInt+kind)
+	}
+	return list
+}
+
+// Ids: those that a message may have, at both ends and with all bytes unlike.
+func Ids() []int {
+	return []int{1, 2, 5, 255, 256, 1 << 24, 1<<31 - 1, 1 << 31, 1<<32 - 1, 1 << 32, 0x0102030405060708 % (1 << 56), 1<<56 - 2, 1<<56 - 1}
+}
+
+// Messages: messages of each kind that may be, with each edge of what they have, and Data of noughts, of 255s and of no pattern.
+func Messages() []api.Message {
+	list := []api.Message{{Kind: 8}}
+	for _, m := range FewWords() {
+		list = append(list, api.Message{Kind: 1, Mask: m}, api.Message{Kind: 1, Mask: m, Was: true})
+	}
+	for _, id := range Ids() {
+		for _, kind := range []int{3, 4, 5} {
+			list = append(list, api.Message{Kind: kind, Id: id})
+		}
+		for _, off := range []int{0, 1, 254, 255} {
+			for size := 16; size <= 128; size += 16 {
+				for _, data := range Sorts(size) {
+					list = append(list, api.Message{Kind: 2, Id: id, Off: off, Data: data})
+				}
+			}
+		}
+	}
+	for off := range 64 {
+		list = append(list, api.Message{Kind: 7, Off: off})
+		for _, data := range Sorts(64) {
+			list = append(list, api.Message{Kind: 6, Off: off, Data: data})
+		}
+	}
+	return list
+}
+
+// AlikeMessages: have two messages the same fields, Data byte by byte? It is asked by what == tells of each field, so that no test hangs on a Same.
+func AlikeMessages(a, b api.Message) bool {
+	type plain struct {
+		kind, id, off int
+		mask          uint64
+		was           bool
+		data          string
+	}
+	return plain{a.Kind, a.Id, a.Off, a.Mask, a.Was, string(a.Data)} == plain{b.Kind, b.Id, b.Off, b.Mask, b.Was, string(b.Data)}
+}

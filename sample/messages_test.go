@@ -1,0 +1,92 @@
+package sample_test
+
+import (
+	"math"
+	"slices"
+	"testing"
+
+	"twain/api"
+	"twain/sample"
+)
+
+// The kinds are all eight; none of the others is one, and those beside them, and both ends of an int, are there.
+func TestMessageKinds(t *testing.T) {
+	list, not := sample.MessageKinds(), sample.NoMessageKinds()
+	if !slices.Equal(list, []int{1, 2, 3, 4, 5, 6, 7, 8}) {
+		t.Errorf("MessageKinds: %v", list)
+	}
+	if slices.ContainsFunc(not, func(n int) bool { return n >= 1 && n <= 8 }) {
+		t.Errorf("NoMessageKinds: %v: one of them is a kind", not)
+	}
+	for _, n := range []int{math.MinInt, -1, 0, 9, 256 + 6, 1<<32 + 6, math.MaxInt} {
+		if !slices.Contains(not, n) {
+			t.Errorf("NoMessageKinds: %d is not there", n)
+		}
+	}
+	sample.Spoil(list)
+	sample.Spoil(not)
+	if sample.MessageKinds()[0] != 1 || sample.NoMessageKinds()[0] != 0 {
+		t.Error("two answers share memory")
+	}
+}
+
+// They rise, from the first one that may be to the last one.
+func TestIds(t *testing.T) {
+	list := sample.Ids()
+	if slices.Min(list) != 1 || slices.Max(list) != 1<<56-1 || !slices.IsSorted(list) || len(slices.Compact(slices.Clone(list))) != len(list) {
+		t.Errorf("Ids: %v", list)
+	}
+	sample.Spoil(list)
+	if sample.Ids()[0] != 1 {
+		t.Error("two answers share memory")
+	}
+}
+
+// Of each kind there are some, no two are alike, and a message has nothing that its kind has not.
+func TestMessages(t *testing.T) {
+	count := map[int]int{}
+	list := sample.Messages()
+	for i, m := range list {
+		count[m.Kind]++
+		hasId, hasOff := m.Kind >= 2 && m.Kind <= 5, m.Kind == 2 || m.Kind == 6 || m.Kind == 7
+		if m.Kind != 1 && (m.Mask != 0 || m.Was) || !hasId && m.Id != 0 || hasId && m.Id < 1 || !hasOff && m.Off != 0 {
+			t.Errorf("Messages: %+v", m)
+		}
+		if m.Kind == 6 && len(m.Data) != 64 || m.Kind != 6 && m.Kind != 2 && len(m.Data) != 0 {
+			t.Errorf("Messages: %+v: %d bytes", m, len(m.Data))
+		}
+		if slices.ContainsFunc(list[:i], func(other api.Message) bool { return sample.AlikeMessages(m, other) }) {
+			t.Errorf("Messages: %+v is there twice", m)
+		}
+	}
+	if len(count) != 8 || count[2] < 1000 || count[6] != 3*64 || count[7] != 64 {
+		t.Errorf("Messages: by their kinds %v", count)
+	}
+}
+
+// Each field alone tells messages apart; nil and empty Data are the same.
+func TestAlikeMessages(t *testing.T) {
+	fresh := func() api.Message {
+		return api.Message{Kind: 1, Id: 2, Off: 3, Mask: 4, Was: true, Data: []byte{5, 6}}
+	}
+	if !sample.AlikeMessages(fresh(), fresh()) || !sample.AlikeMessages(api.Message{}, api.Message{Data: []byte{}}) {
+		t.Errorf("messages that are alike are told apart")
+	}
+	for how, set := range map[string]func(m *api.Message){
+		"in their Kind":       func(m *api.Message) { m.Kind = 0 },
+		"in their Id":         func(m *api.Message) { m.Id = 0 },
+		"in their Off":        func(m *api.Message) { m.Off = 0 },
+		"in their Mask":       func(m *api.Message) { m.Mask = 0 },
+		"in their Was":        func(m *api.Message) { m.Was = false },
+		"in a byte":           func(m *api.Message) { m.Data[1]++ },
+		"by a byte less":      func(m *api.Message) { m.Data = m.Data[:1] },
+		"by a nought more":    func(m *api.Message) { m.Data = append(m.Data, 0) },
+		"by having Data, too": func(m *api.Message) { m.Data = nil },
+	} {
+		m := fresh()
+		set(&m)
+		if sample.AlikeMessages(m, fresh()) || sample.AlikeMessages(fresh(), m) {
+			t.Errorf("messages that differ %s are told to be alike", how)
+		}
+	}
+}
