@@ -74,7 +74,7 @@ func puts(t *testing.T, what string, d *disk.Disk, mask uint64) {
 // having: a disk of that size whose log has one record, of that number and word.
 func having(size int, n uint32, word uint64) *disk.Disk {
 	d := sample.Disk(size)
-	sample.Lay(d, sample.RingPlace(n, 2, 4), seal.Record(n, word))
+	sample.RingLay(d, 2, 4, n, word)
 	return d
 }
 

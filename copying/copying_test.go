@@ -81,7 +81,7 @@ func TestP29_1Give(t *testing.T) {
 				for range 2 {
 					m, err := gives(t, what, d, e)
 					if m.Kind != pack.Ext || m.Off != e || !bytes.Equal(m.Data, b) || !pack.Good(m) || err != api.OK {
-						t.Errorf("%s: Give(%d): %s, %v, want %v", what, e, shown(m), err, b)
+						t.Errorf("%s: Give(%d): %s, %v, want %v", what, e, sample.Shown(m), err, b)
 					}
 					d.Flush()
 				}
@@ -136,7 +136,7 @@ func TestP29_1GiveOfNoExtent(t *testing.T) {
 // errFor: what a disk that a call made must answer of an extent: is it there, and does the disk work?
 func errFor(d *disk.Disk, e int) api.Errno {
 	switch {
-	case !hasExtent(d, e):
+	case !sample.HasExtent(d, e):
 		return api.ErrRange
 	case d.Broken():
 		return api.ErrDown
@@ -180,9 +180,9 @@ func TestP29_1Put(t *testing.T) {
 					copy(want[64*e:], b)
 					was := d.Copy()
 					what := fmt.Sprintf("of %d sectors, with the bitmap %#x", size, mask)
-					m, err := puts(t, what, d, ext(e, b))
+					m, err := puts(t, what, d, sample.Ext(e, b))
 					if m.Kind != pack.Have || m.Off != e || len(m.Data) != 0 || !pack.Good(m) || err != api.OK {
-						t.Errorf("%s: Put of %d: %s, %v", what, e, shown(m), err)
+						t.Errorf("%s: Put of %d: %s, %v", what, e, sample.Shown(m), err)
 					}
 					if d.Ops() != was.Ops()+ops || len(d.Cached()) != 0 || dirty.Get(d) != sample.Without(mask, e) || !bytes.Equal(data.Image(d), want) {
 						t.Errorf("%s: Put of %d: %d operations, want %d; Cached %v, the bitmap %#x", what, e, d.Ops()-was.Ops(), ops, d.Cached(), dirty.Get(d))
@@ -200,56 +200,17 @@ func TestP29_1PutFlushesAll(t *testing.T) {
 		for _, at := range []int{0, 5, 8, 11, 12, 13, 16, 23} {
 			d.Write(at, api.Sector{byte(at), 9})
 		}
-		puts(t, "others are cached", d, ext(1, sample.Pattern(1, 4)))
+		puts(t, "others are cached", d, sample.Ext(1, sample.Pattern(1, 4)))
 		d.Crash(0)
 		for _, at := range []int{0, 5, 8, 11, 16, 23} {
 			if d.Durable(at) != (api.Sector{byte(at), 9}) {
 				t.Errorf("with the bitmap %#x: sector %d became %v", mask, at, d.Durable(at))
 			}
 		}
-		if !bytes.Equal(bytesOf(d, 1), sample.Pattern(1, 4)) {
-			t.Errorf("with the bitmap %#x: extent 1 became %v", mask, bytesOf(d, 1))
+		if !bytes.Equal(sample.ExtentBytes(d, 1), sample.Pattern(1, 4)) {
+			t.Errorf("with the bitmap %#x: extent 1 became %v", mask, sample.ExtentBytes(d, 1))
 		}
 	}
-}
-
-// noExts: messages that are no Ext, or are not Good, each by one thing alone.
-func noExts() []api.Message {
-	good := func() api.Message { return ext(1, sample.Bytes(64)) }
-	list := []api.Message{{}}
-	for _, m := range sample.Messages() {
-		if m.Kind != pack.Ext {
-			list = append(list, m)
-		}
-	}
-	add := func(set func(m *api.Message)) {
-		m := good()
-		set(&m)
-		list = append(list, m)
-	}
-	for _, kind := range append(sample.MessageKinds(), sample.NoMessageKinds()...) {
-		if kind != pack.Ext {
-			add(func(m *api.Message) { m.Kind = kind })
-		}
-	}
-	for _, id := range append(append(sample.Ids(), sample.Ends()...), -1, -5) {
-		add(func(m *api.Message) { m.Id = id })
-	}
-	for _, mask := range sample.Words()[1:140] {
-		add(func(m *api.Message) { m.Mask = mask })
-	}
-	add(func(m *api.Message) { m.Was = true })
-	for _, off := range sample.NoExtents() {
-		add(func(m *api.Message) { m.Off = off })
-	}
-	for _, size := range []int{0, 1, 15, 16, 32, 48, 63, 65, 79, 80, 96, 128, 200, 1024} {
-		add(func(m *api.Message) { m.Data = sample.Bytes(size) })
-	}
-	add(func(m *api.Message) { m.Data = nil })
-	add(func(m *api.Message) { m.Data = []byte{} })
-	// Bytes that lie behind the list's end are none of it.
-	add(func(m *api.Message) { m.Data = m.Data[:63] })
-	return list
 }
 
 // Whatever the disk is: the message comes first, and nothing is done.
@@ -265,7 +226,7 @@ func TestP29_1PutOfNoExt(t *testing.T) {
 		"fewer sectors than it has": sample.Filled(15),
 		"the greatest":              having(api.MaxDisk, all),
 	} {
-		for _, m := range noExts() {
+		for _, m := range sample.NoExts() {
 			putStays(t, what, d, m, api.ErrArg)
 		}
 	}
@@ -277,7 +238,7 @@ func TestP29_1PutOfNoExt(t *testing.T) {
 // Data of none is refused, be it nil or empty, and alike.
 func TestP29_1PutOfNoData(t *testing.T) {
 	for _, b := range [][]byte{nil, {}, make([]byte, 0, 64), sample.Bytes(64)[:0]} {
-		putStays(t, "no bytes", having(24, all), ext(1, b), api.ErrArg)
+		putStays(t, "no bytes", having(24, all), sample.Ext(1, b), api.ErrArg)
 	}
 }
 
@@ -292,7 +253,7 @@ func TestP29_1PutOfEachOff(t *testing.T) {
 			} else if 8+4*e+4 > size {
 				want = api.ErrRange
 			}
-			if _, err := puts(t, fmt.Sprintf("of %d sectors", size), d, ext(e, sample.Pattern(e+2, 4))); err != want {
+			if _, err := puts(t, fmt.Sprintf("of %d sectors", size), d, sample.Ext(e, sample.Pattern(e+2, 4))); err != want {
 				t.Errorf("of %d sectors: Put of %d: %v, want %v", size, e, err, want)
 			}
 		}
@@ -307,15 +268,15 @@ func TestP29_1PutOfAnExtentThatIsNotThere(t *testing.T) {
 			d := having(size, all)
 			d.Write(0, api.Sector{1})
 			what := fmt.Sprintf("%d sectors are lacking", lacks)
-			putStays(t, what, d, ext(e, sample.Bytes(64)), api.ErrRange)
+			putStays(t, what, d, sample.Ext(e, sample.Bytes(64)), api.ErrRange)
 			d.Fuse(0)
-			putStays(t, what+", no operation left", d, ext(e, sample.Bytes(64)), api.ErrRange)
-			putStays(t, what+", broken", sample.Broken(d), ext(e, sample.Bytes(64)), api.ErrRange)
+			putStays(t, what+", no operation left", d, sample.Ext(e, sample.Bytes(64)), api.ErrRange)
+			putStays(t, what+", broken", sample.Broken(d), sample.Ext(e, sample.Bytes(64)), api.ErrRange)
 		}
 	}
 	for size := 1; size <= 8; size++ {
 		for _, e := range []int{0, 63} {
-			putStays(t, "no data area", sample.Filled(size), ext(e, sample.Bytes(64)), api.ErrRange)
+			putStays(t, "no data area", sample.Filled(size), sample.Ext(e, sample.Bytes(64)), api.ErrRange)
 		}
 	}
 }
@@ -325,12 +286,12 @@ func TestP29_1PutOnABrokenDisk(t *testing.T) {
 		for _, e := range extents(size) {
 			for _, mask := range []uint64{0, 1 << e, all} {
 				d := sample.Broken(having(size, mask))
-				putStays(t, "broken", d, ext(e, sample.Bytes(64)), api.ErrDown)
+				putStays(t, "broken", d, sample.Ext(e, sample.Bytes(64)), api.ErrDown)
 				// A new fuse does not mend it.
 				d.Fuse(20)
-				putStays(t, "broken, with a fuse", d, ext(e, sample.Bytes(64)), api.ErrDown)
+				putStays(t, "broken, with a fuse", d, sample.Ext(e, sample.Bytes(64)), api.ErrDown)
 				d.Crash(all)
-				if _, err := puts(t, "behind the crash", d, ext(e, sample.Bytes(64))); err != api.OK || dirty.Get(d) != sample.Without(mask, e) {
+				if _, err := puts(t, "behind the crash", d, sample.Ext(e, sample.Bytes(64))); err != api.OK || dirty.Get(d) != sample.Without(mask, e) {
 					t.Errorf("behind the crash: Put of %d: %v, the bitmap %#x", e, err, dirty.Get(d))
 				}
 			}
@@ -341,18 +302,18 @@ func TestP29_1PutOnABrokenDisk(t *testing.T) {
 // The bitmap's ring has no number left: its error is told, and what was done ahead of it stays. Where the extent is not in the bitmap, no record is needed.
 func TestP29_1PutBehindTheLastRecord(t *testing.T) {
 	d := sample.Filled(24)
-	lay(d, greatest, 6)
+	sample.RingLay(d, 6, 2, greatest, 6)
 	was, b := d.Copy(), sample.Pattern(9, 4)
-	m, err := puts(t, "behind the last record", d, ext(1, b))
+	m, err := puts(t, "behind the last record", d, sample.Ext(1, b))
 	if !sample.AlikeMessages(m, api.Message{}) || err != api.ErrRange || dirty.Get(d) != 6 || d.Ops() != was.Ops()+5 {
-		t.Errorf("Put of 1: %s, %v, the bitmap %#x, %d operations, want the zero one, %v, 0x6, 5", shown(m), err, dirty.Get(d), d.Ops()-was.Ops(), api.ErrRange)
+		t.Errorf("Put of 1: %s, %v, the bitmap %#x, %d operations, want the zero one, %v, 0x6, 5", sample.Shown(m), err, dirty.Get(d), d.Ops()-was.Ops(), api.ErrRange)
 	}
 	d.Crash(0)
-	if !bytes.Equal(bytesOf(d, 1), b) {
-		t.Errorf("Put of 1: the bytes became %v", bytesOf(d, 1))
+	if !bytes.Equal(sample.ExtentBytes(d, 1), b) {
+		t.Errorf("Put of 1: the bytes became %v", sample.ExtentBytes(d, 1))
 	}
-	if m, err := puts(t, "behind the last record", d, ext(0, b)); m.Kind != pack.Have || err != api.OK {
-		t.Errorf("Put of 0: %s, %v", shown(m), err)
+	if m, err := puts(t, "behind the last record", d, sample.Ext(0, b)); m.Kind != pack.Have || err != api.OK {
+		t.Errorf("Put of 0: %s, %v", sample.Shown(m), err)
 	}
 	toldStays(t, "behind the last record", d, 1, 0, api.ErrRange)
 	toldStays(t, "behind the last record", d, 0, 6, api.OK)
@@ -361,11 +322,11 @@ func TestP29_1PutBehindTheLastRecord(t *testing.T) {
 // The last record but one: there is one more.
 func TestP29_1TheLastRecord(t *testing.T) {
 	d := sample.Filled(24)
-	lay(d, greatest-1, 6)
+	sample.RingLay(d, 6, 2, greatest-1, 6)
 	if left, err := tells(t, "the last record", d.Copy(), 1); left != 4 || err != api.OK {
 		t.Errorf("Told of 1: %#x, %v", left, err)
 	}
-	if _, err := puts(t, "the last record", d, ext(2, sample.Bytes(64))); err != api.OK || dirty.Get(d) != 2 {
+	if _, err := puts(t, "the last record", d, sample.Ext(2, sample.Bytes(64))); err != api.OK || dirty.Get(d) != 2 {
 		t.Errorf("Put of 2: %v, the bitmap %#x", err, dirty.Get(d))
 	}
 }
@@ -375,11 +336,11 @@ func TestP29_1PutOfWhatIsGiven(t *testing.T) {
 	for _, size := range sizes() {
 		for _, e := range extents(size) {
 			one, other := having(size, all), sample.Disk(size)
-			lay(other, 8, 1<<e)
+			sample.RingLay(other, 6, 2, 8, 1<<e)
 			m, _ := gives(t, "one", one, e)
 			puts(t, "the other", other, m)
-			if !bytes.Equal(bytesOf(one, e), bytesOf(other, e)) || dirty.Get(other) != 0 || dirty.Get(one) != all {
-				t.Errorf("of %d sectors: Put of %d at the other: %v, want %v; the bitmaps %#x, %#x", size, e, bytesOf(other, e), bytesOf(one, e), dirty.Get(other), dirty.Get(one))
+			if !bytes.Equal(sample.ExtentBytes(one, e), sample.ExtentBytes(other, e)) || dirty.Get(other) != 0 || dirty.Get(one) != all {
+				t.Errorf("of %d sectors: Put of %d at the other: %v, want %v; the bitmaps %#x, %#x", size, e, sample.ExtentBytes(other, e), sample.ExtentBytes(one, e), dirty.Get(other), dirty.Get(one))
 			}
 			image := data.Image(one)
 			puts(t, "the same one", one, m)
@@ -452,14 +413,14 @@ func TestP29_1ToldOnABrokenDisk(t *testing.T) {
 
 // Of all that may be wrong the first thing is told: the message, or the number, then the disk that no call made, the extent that is not there, and the disk that is broken.
 func TestP29_1ErrorsInOrder(t *testing.T) {
-	good, away, bad := ext(0, sample.Bytes(64)), ext(1, sample.Bytes(64)), ext(0, sample.Bytes(63))
+	good, away, bad := sample.Ext(0, sample.Bytes(64)), sample.Ext(1, sample.Bytes(64)), sample.Ext(0, sample.Bytes(63))
 	works, broken := having(12, all), sample.Broken(having(12, all))
 	for _, c := range []struct {
 		d    *disk.Disk
 		m    api.Message
 		want api.Errno
 	}{
-		{nil, bad, api.ErrArg}, {broken, bad, api.ErrArg}, {works, bad, api.ErrArg}, {nil, have(64), api.ErrArg},
+		{nil, bad, api.ErrArg}, {broken, bad, api.ErrArg}, {works, bad, api.ErrArg}, {nil, sample.Have(64), api.ErrArg},
 		{nil, away, api.ErrMade}, {nil, good, api.ErrMade}, {broken, away, api.ErrRange}, {works, away, api.ErrRange}, {broken, good, api.ErrDown},
 	} {
 		putStays(t, "in order", c.d, c.m, c.want)
@@ -482,10 +443,10 @@ func TestP29_1ErrorsInOrder(t *testing.T) {
 // Each number and each message that may not be, and some that may, on disks of all sorts; none panics.
 func TestR1WhateverIsGiven(t *testing.T) {
 	numbers := append(append(sample.NoExtents(), sample.Ends()...), 0, 1, 2, 3, 4, 62, 63, 252, 253)
-	messages := append(noExts(), ext(0, sample.Bytes(64)), ext(63, sample.Bytes(64)))
+	messages := append(sample.NoExts(), sample.Ext(0, sample.Bytes(64)), sample.Ext(63, sample.Bytes(64)))
 	for _, n := range numbers {
 		for _, b := range [][]byte{nil, {}, sample.Bytes(63), sample.Bytes(64), sample.Bytes(80)} {
-			messages = append(messages, api.Message{Kind: n, Id: n, Off: n, Mask: uint64(n), Was: n < 0, Data: b}, ext(n, b))
+			messages = append(messages, api.Message{Kind: n, Id: n, Off: n, Mask: uint64(n), Was: n < 0, Data: b}, sample.Ext(n, b))
 		}
 	}
 	for _, size := range []int{0, 1, 6, 7, 8, 9, 11, 12, 24, 264} {
@@ -509,10 +470,10 @@ func TestR5ADiskThatNoCallMade(t *testing.T) {
 		for range 2 {
 			for e := range 64 {
 				if m, err := copying.Give(d, e); !sample.AlikeMessages(m, api.Message{}) || err != api.ErrMade {
-					t.Errorf("Give(%d): %s, %v, want the zero one, %v", e, shown(m), err, api.ErrMade)
+					t.Errorf("Give(%d): %s, %v, want the zero one, %v", e, sample.Shown(m), err, api.ErrMade)
 				}
-				if m, err := copying.Put(d, ext(e, sample.Bytes(64))); !sample.AlikeMessages(m, api.Message{}) || err != api.ErrMade {
-					t.Errorf("Put of %d: %s, %v, want the zero one, %v", e, shown(m), err, api.ErrMade)
+				if m, err := copying.Put(d, sample.Ext(e, sample.Bytes(64))); !sample.AlikeMessages(m, api.Message{}) || err != api.ErrMade {
+					t.Errorf("Put of %d: %s, %v, want the zero one, %v", e, sample.Shown(m), err, api.ErrMade)
 				}
 				if left, err := copying.Told(d, e); left != 0 || err != api.ErrMade {
 					t.Errorf("Told(%d): %#x, %v, want 0, %v", e, left, err, api.ErrMade)
@@ -522,7 +483,7 @@ func TestR5ADiskThatNoCallMade(t *testing.T) {
 				giveStays(t, "no disk", d, e, api.ErrMade)
 				toldStays(t, "no disk", d, e, 0, api.ErrArg)
 			}
-			for _, m := range noExts() {
+			for _, m := range sample.NoExts() {
 				putStays(t, "no disk", d, m, api.ErrArg)
 			}
 			d.Fuse(0)

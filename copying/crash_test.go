@@ -69,9 +69,9 @@ func putFalls(t *testing.T, d *disk.Disk, e int, b []byte, f fall) {
 	was, mask := d.Copy(), dirty.Get(d)
 	what := fmt.Sprintf("with the bitmap %#x, of %v", mask, f)
 	d.Fuse(f.ops)
-	m, err := puts(t, what, d, ext(e, b))
-	if err != cut(need(mask, e), f.ops) || err != api.OK && !sample.AlikeMessages(m, api.Message{}) || err == api.OK && !sample.AlikeMessages(m, have(e)) {
-		t.Errorf("%s: Put of %d: %s, %v", what, e, shown(m), err)
+	m, err := puts(t, what, d, sample.Ext(e, b))
+	if err != cut(need(mask, e), f.ops) || err != api.OK && !sample.AlikeMessages(m, api.Message{}) || err == api.OK && !sample.AlikeMessages(m, sample.Have(e)) {
+		t.Errorf("%s: Put of %d: %s, %v", what, e, sample.Shown(m), err)
 	}
 	if done := d.Ops() - was.Ops(); done != min(f.ops, need(mask, e)) || d.Broken() != (err != api.OK) {
 		t.Errorf("%s: Put of %d: %d operations were done, broken %v", what, e, done, d.Broken())
@@ -87,16 +87,16 @@ func putFalls(t *testing.T, d *disk.Disk, e int, b []byte, f fall) {
 		}
 	}
 	if got := dirty.Get(d); got != left || !bytes.Equal(data.Image(d), image) {
-		t.Errorf("%s: Put of %d: the bitmap %#x, want %#x; the extent %v, want %v", what, e, got, left, bytesOf(d, e), image[64*e:64*e+64])
+		t.Errorf("%s: Put of %d: the bitmap %#x, want %#x; the extent %v, want %v", what, e, got, left, sample.ExtentBytes(d, e), image[64*e:64*e+64])
 	}
-	known(t, what, d, mask, ext(e, b))
+	known(t, what, d, mask, sample.Ext(e, b))
 }
 
 // known: behind a crash within a Put of that message, is the extent still in the bitmap, if it was there, unless it is alike, and are all others there that were?
 func known(t *testing.T, what string, d *disk.Disk, mask uint64, m api.Message) {
 	t.Helper()
 	now := dirty.Get(d)
-	if mask>>m.Off&1 == 1 && now>>m.Off&1 == 0 && !bytes.Equal(bytesOf(d, m.Off), m.Data) {
+	if mask>>m.Off&1 == 1 && now>>m.Off&1 == 0 && !bytes.Equal(sample.ExtentBytes(d, m.Off), m.Data) {
 		t.Errorf("%s: extent %d is not alike, and not in the bitmap %#x", what, m.Off, now)
 	}
 	if sample.Without(now, m.Off) != sample.Without(mask, m.Off) {
@@ -113,8 +113,8 @@ func TestP29_1APutThatFalls(t *testing.T) {
 				for _, f := range falls(need(mask, e)) {
 					d := start.Copy()
 					putFalls(t, d, e, sample.Pattern(f.ops, 4), f)
-					if _, err := puts(t, "once more", d, ext(e, sample.Pattern(f.ops, 4))); err != api.OK || dirty.Get(d) != sample.Without(mask, e) || !bytes.Equal(bytesOf(d, e), sample.Pattern(f.ops, 4)) {
-						t.Errorf("%v, and once more: %v, the bitmap %#x, the extent %v", f, err, dirty.Get(d), bytesOf(d, e))
+					if _, err := puts(t, "once more", d, sample.Ext(e, sample.Pattern(f.ops, 4))); err != api.OK || dirty.Get(d) != sample.Without(mask, e) || !bytes.Equal(sample.ExtentBytes(d, e), sample.Pattern(f.ops, 4)) {
+						t.Errorf("%v, and once more: %v, the bitmap %#x, the extent %v", f, err, dirty.Get(d), sample.ExtentBytes(d, e))
 					}
 				}
 			}
@@ -167,11 +167,11 @@ func TestP29_2OthersAreCached(t *testing.T) {
 				d := start.Copy()
 				d.Fuse(ops)
 				what := fmt.Sprintf("%v are cached, of %v", others, fall{ops, spares})
-				puts(t, what, d, ext(1, b))
+				puts(t, what, d, sample.Ext(1, b))
 				d.Crash(spares)
-				known(t, what, d, 6, ext(1, b))
-				if ops >= flushed && !bytes.Equal(bytesOf(d, 1), b) {
-					t.Errorf("%s: the extent was flushed, and is %v", what, bytesOf(d, 1))
+				known(t, what, d, 6, sample.Ext(1, b))
+				if ops >= flushed && !bytes.Equal(sample.ExtentBytes(d, 1), b) {
+					t.Errorf("%s: the extent was flushed, and is %v", what, sample.ExtentBytes(d, 1))
 				}
 			}
 		}
@@ -185,7 +185,7 @@ func TestP29_2AlikeAlready(t *testing.T) {
 		b := sample.Pattern(5, 4)
 		for i := range 4 {
 			if same>>i&1 == 1 {
-				copy(b[16*i:], bytesOf(start, 1)[16*i:16*i+16])
+				copy(b[16*i:], sample.ExtentBytes(start, 1)[16*i:16*i+16])
 			}
 		}
 		for _, f := range falls(settled) {
@@ -206,9 +206,9 @@ func TestP29_2ManyThatFall(t *testing.T) {
 					dirty.Put(d, 2)
 				}
 			}
-			puts(t, "in the end", d, ext(1, sample.Pattern(30, 4)))
-			if dirty.Get(d) != 0 || !bytes.Equal(bytesOf(d, 1), sample.Pattern(30, 4)) {
-				t.Errorf("in the end: the bitmap %#x, the extent %v", dirty.Get(d), bytesOf(d, 1))
+			puts(t, "in the end", d, sample.Ext(1, sample.Pattern(30, 4)))
+			if dirty.Get(d) != 0 || !bytes.Equal(sample.ExtentBytes(d, 1), sample.Pattern(30, 4)) {
+				t.Errorf("in the end: the bitmap %#x, the extent %v", dirty.Get(d), sample.ExtentBytes(d, 1))
 			}
 		}
 	}
@@ -230,8 +230,8 @@ func apart(size int) pair {
 	for e := range min((size-8)/4, 64) {
 		mask |= 1 << e
 	}
-	lay(p.from, 3, mask)
-	lay(p.to, 4, mask)
+	sample.RingLay(p.from, 6, 2, 3, mask)
+	sample.RingLay(p.to, 6, 2, 4, mask)
 	return p
 }
 
@@ -248,17 +248,17 @@ func (p pair) copied(t *testing.T, e int) {
 	if _, err := tells(t, "the one that gives", p.from, e); err != api.OK {
 		t.Errorf("Told(%d): %v", e, err)
 	}
-	if !bytes.Equal(bytesOf(p.from, e), bytesOf(p.to, e)) {
-		t.Errorf("extent %d: %v is given, and %v is there", e, bytesOf(p.from, e), bytesOf(p.to, e))
+	if !bytes.Equal(sample.ExtentBytes(p.from, e), sample.ExtentBytes(p.to, e)) {
+		t.Errorf("extent %d: %v is given, and %v is there", e, sample.ExtentBytes(p.from, e), sample.ExtentBytes(p.to, e))
 	}
 }
 
 // unlikeIsKnown: is each extent in which what is durable is not alike in the bitmap of one of them?
 func (p pair) unlikeIsKnown(t *testing.T, what string) {
 	t.Helper()
-	mask := bitmap(p.from) | bitmap(p.to)
+	mask := sample.RingWord(p.from, 6, 2) | sample.RingWord(p.to, 6, 2)
 	for at := 8; at < p.from.Size(); at++ {
-		if e := (at - 8) / 4; e < 64 && p.from.Durable(at) != p.to.Durable(at) && mask>>e&1 == 0 && hasExtent(p.from, e) {
+		if e := (at - 8) / 4; e < 64 && p.from.Durable(at) != p.to.Durable(at) && mask>>e&1 == 0 && sample.HasExtent(p.from, e) {
 			t.Errorf("%s: sector %d of extent %d is not alike, and the bitmaps tell %#x", what, at-8, e, mask)
 		}
 	}
@@ -300,7 +300,7 @@ func TestP29_2DisksOfOtherSizes(t *testing.T) {
 			if err != api.OK {
 				continue
 			}
-			if _, err := puts(t, "to", to, m); err == api.OK && !bytes.Equal(bytesOf(from, e), bytesOf(to, e)) || (err == api.OK) != hasExtent(to, e) {
+			if _, err := puts(t, "to", to, m); err == api.OK && !bytes.Equal(sample.ExtentBytes(from, e), sample.ExtentBytes(to, e)) || (err == api.OK) != sample.HasExtent(to, e) {
 				t.Errorf("from %d sectors to %d: extent %d: %v", sizes[0], sizes[1], e, err)
 			}
 		}
@@ -319,7 +319,7 @@ func (p pair) step(t *testing.T, w uint64) {
 		m, _ := copying.Give(p.from, e)
 		putFalls(t, p.to, e, m.Data, f)
 	case 5:
-		if bitmap(p.to)>>e&1 == 0 {
+		if sample.RingWord(p.to, 6, 2)>>e&1 == 0 {
 			p.from.Fuse(f.ops % 3)
 			tells(t, "the one that gives", p.from, e)
 			p.from.Crash(f.spares)

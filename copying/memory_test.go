@@ -19,7 +19,7 @@ func TestR3BytesHandedIn(t *testing.T) {
 			d.Fuse(ops)
 			b, memory := sample.WithRoom(sample.Bytes(size), 99, 40)
 			was := bytes.Clone(memory)
-			m := ext(1, b)
+			m := sample.Ext(1, b)
 			puts(t, "room behind it", d, m)
 			if !bytes.Equal(memory, was) || m.Off != 1 || len(m.Data) != size {
 				t.Errorf("Put of %d bytes with %d operations changed what was handed in", size, ops)
@@ -35,7 +35,7 @@ func TestR3BytesHandedIn(t *testing.T) {
 func TestR3WhatIsGiven(t *testing.T) {
 	d := having(24, 7)
 	d.Write(13, api.Sector{1, 2, 3})
-	was, want := d.Copy(), bytesOf(d, 1)
+	was, want := d.Copy(), sample.ExtentBytes(d, 1)
 	first, _ := copying.Give(d, 1)
 	second, _ := copying.Give(d, 1)
 	sample.Spoil(first.Data)
@@ -43,7 +43,7 @@ func TestR3WhatIsGiven(t *testing.T) {
 	if !bytes.Equal(second.Data, want) {
 		t.Errorf("an answer that was changed changed another one: %v", second.Data)
 	}
-	copying.Put(d, ext(1, make([]byte, 64)))
+	copying.Put(d, sample.Ext(1, make([]byte, 64)))
 	if !bytes.Equal(second.Data, want) {
 		t.Errorf("a Put changed what was given ahead of it: %v", second.Data)
 	}
@@ -60,9 +60,9 @@ func TestR3WhatIsPut(t *testing.T) {
 		t.Errorf("the Have that was changed changed the Ext: %v", m.Data)
 	}
 	sample.Spoil(m.Data)
-	copying.Put(from, ext(1, make([]byte, 64)))
-	if !bytes.Equal(bytesOf(to, 1), want) || !bytes.Equal(bytesOf(from, 1), make([]byte, 64)) {
-		t.Errorf("what was put became %v, and where it came from %v", bytesOf(to, 1), bytesOf(from, 1))
+	copying.Put(from, sample.Ext(1, make([]byte, 64)))
+	if !bytes.Equal(sample.ExtentBytes(to, 1), want) || !bytes.Equal(sample.ExtentBytes(from, 1), make([]byte, 64)) {
+		t.Errorf("what was put became %v, and where it came from %v", sample.ExtentBytes(to, 1), sample.ExtentBytes(from, 1))
 	}
 }
 
@@ -72,16 +72,16 @@ func TestR4DisksGoTheirOwnWays(t *testing.T) {
 	for i := range 40 {
 		e := i % 2
 		image := data.Image(other)
-		puts(t, "one", one, ext(e, sample.Pattern(i, 4)))
+		puts(t, "one", one, sample.Ext(e, sample.Pattern(i, 4)))
 		if !bytes.Equal(data.Image(other), image) || dirty.Get(one)>>e&1 != 0 {
 			t.Errorf("a Put at one changed the other, or left its bitmap %#x", dirty.Get(one))
 		}
 		third := one.Copy()
-		puts(t, "a copy", third, ext(e, sample.Pattern(i+100, 4)))
+		puts(t, "a copy", third, sample.Ext(e, sample.Pattern(i+100, 4)))
 		dirty.Put(one, 3)
 		tells(t, "a copy", third, e)
-		if dirty.Get(one) != 3 || !bytes.Equal(bytesOf(one, e), sample.Pattern(i, 4)) {
-			t.Errorf("a copy changed what it is one of: the bitmap %#x, extent %d %v", dirty.Get(one), e, bytesOf(one, e))
+		if dirty.Get(one) != 3 || !bytes.Equal(sample.ExtentBytes(one, e), sample.Pattern(i, 4)) {
+			t.Errorf("a copy changed what it is one of: the bitmap %#x, extent %d %v", dirty.Get(one), e, sample.ExtentBytes(one, e))
 		}
 		tells(t, "the other", other, i)
 		gives(t, "the other", other, i%4)
@@ -99,10 +99,10 @@ func TestR4TheSameAgain(t *testing.T) {
 		e, ops := int(w>>8%5), int(w>>20%9)
 		one.Fuse(ops)
 		other.Fuse(ops)
-		first, err := copying.Put(one, ext(e, sample.Pattern(i, 4)))
-		second, again := copying.Put(other, ext(e, sample.Pattern(i, 4)))
+		first, err := copying.Put(one, sample.Ext(e, sample.Pattern(i, 4)))
+		second, again := copying.Put(other, sample.Ext(e, sample.Pattern(i, 4)))
 		if !sample.AlikeMessages(first, second) || err != again {
-			t.Errorf("Put of %d: %s, %v, and again %s, %v", e, shown(first), err, shown(second), again)
+			t.Errorf("Put of %d: %s, %v, and again %s, %v", e, sample.Shown(first), err, sample.Shown(second), again)
 		}
 		leaves(t, "the same Put", one, other)
 		one.Crash(w >> 30)

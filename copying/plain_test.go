@@ -9,7 +9,6 @@ import (
 	"twain/copying"
 	"twain/disk"
 	"twain/sample"
-	"twain/seal"
 )
 
 const (
@@ -17,37 +16,9 @@ const (
 	greatest = math.MaxUint32
 )
 
-// ext: the message that has an extent's bytes.
-func ext(e int, b []byte) api.Message { return api.Message{Kind: 6, Off: e, Data: b} }
-
-// have: the message that tells that an extent is there.
-func have(e int) api.Message { return api.Message{Kind: 7, Off: e} }
-
 // isExt: is it an Ext, and Good, by chapter 17's words, with the limits' numbers written out?
 func isExt(m api.Message) bool {
 	return m.Kind == 6 && m.Id == 0 && m.Mask == 0 && !m.Was && m.Off >= 0 && m.Off <= 63 && len(m.Data) == 64
-}
-
-// hasExtent: has the disk all four sectors of extent e?
-func hasExtent(d *disk.Disk, e int) bool { return e >= 0 && e <= 63 && 8+4*e+3 < d.Size() }
-
-// bytesOf: what extent e of a disk that works tells.
-func bytesOf(d *disk.Disk, e int) []byte {
-	var b []byte
-	for i := range 4 {
-		s, _ := d.Read(8 + 4*e + i)
-		b = append(b, s[:]...)
-	}
-	return b
-}
-
-// bitmap: what the bitmap of a disk that works tells; a disk that has not all of it tells none.
-func bitmap(d *disk.Disk) uint64 {
-	if d.Size() < 8 {
-		return 0
-	}
-	_, mask := sample.RingLatest(d, 6, 2)
-	return mask
 }
 
 // given: Give, by the chapter's words.
@@ -55,12 +26,12 @@ func given(d *disk.Disk, e int) (api.Message, api.Errno) {
 	switch {
 	case !d.Made():
 		return api.Message{}, api.ErrMade
-	case !hasExtent(d, e):
+	case !sample.HasExtent(d, e):
 		return api.Message{}, api.ErrRange
 	case d.Broken():
 		return api.Message{}, api.ErrDown
 	}
-	return ext(e, bytesOf(d, e)), api.OK
+	return sample.Ext(e, sample.ExtentBytes(d, e)), api.OK
 }
 
 // taken: Put, by the chapter's words.
@@ -70,7 +41,7 @@ func taken(d *disk.Disk, m api.Message) (api.Message, api.Errno) {
 		return api.Message{}, api.ErrArg
 	case !d.Made():
 		return api.Message{}, api.ErrMade
-	case !hasExtent(d, m.Off):
+	case !sample.HasExtent(d, m.Off):
 		return api.Message{}, api.ErrRange
 	}
 	for i := range 4 {
@@ -84,7 +55,7 @@ func taken(d *disk.Disk, m api.Message) (api.Message, api.Errno) {
 	if _, err := cleared(d, m.Off); err != api.OK {
 		return api.Message{}, err
 	}
-	return have(m.Off), api.OK
+	return sample.Have(m.Off), api.OK
 }
 
 // told: Told, by the chapter's words.
@@ -103,7 +74,7 @@ func cleared(d *disk.Disk, e int) (uint64, api.Errno) {
 	case d.Broken():
 		return 0, api.ErrDown
 	}
-	mask := bitmap(d)
+	mask := sample.RingWord(d, 6, 2)
 	left := sample.Without(mask, e)
 	if left == mask {
 		return left, api.OK
@@ -117,24 +88,11 @@ func cleared(d *disk.Disk, e int) (uint64, api.Errno) {
 	return left, api.OK
 }
 
-// lay: the bitmap has one record, of that number and mask.
-func lay(d *disk.Disk, n uint32, mask uint64) {
-	sample.Lay(d, sample.RingPlace(n, 6, 2), seal.Record(n, mask))
-}
-
 // having: a disk of that size with bytes in each sector, and that bitmap.
 func having(size int, mask uint64) *disk.Disk {
 	d := sample.Filled(size)
-	lay(d, 5, mask)
+	sample.RingLay(d, 6, 2, 5, mask)
 	return d
-}
-
-// shown: a message as it is told in a test's words.
-func shown(m api.Message) string {
-	if len(m.Data) > 8 {
-		return fmt.Sprintf("{%d %d %d %#x %v %v .. (%d bytes)}", m.Kind, m.Id, m.Off, m.Mask, m.Was, m.Data[:8], len(m.Data))
-	}
-	return fmt.Sprintf("%v", m)
 }
 
 // leaves: is the disk as the other one? What was done to a copy by the chapter's words shows what the call was to do.
@@ -153,7 +111,7 @@ func gives(t *testing.T, what string, d *disk.Disk, e int) (api.Message, api.Err
 	want, wantE := given(d, e)
 	got, err := copying.Give(d, e)
 	if err != wantE || !sample.AlikeMessages(got, want) {
-		t.Errorf("%s: %s, %v, want %s, %v", what, shown(got), err, shown(want), wantE)
+		t.Errorf("%s: %s, %v, want %s, %v", what, sample.Shown(got), err, sample.Shown(want), wantE)
 	}
 	leaves(t, what, d, was)
 	return got, err
@@ -162,12 +120,12 @@ func gives(t *testing.T, what string, d *disk.Disk, e int) (api.Message, api.Err
 // puts: is what Put tells, and does, as the chapter's words have it?
 func puts(t *testing.T, what string, d *disk.Disk, m api.Message) (api.Message, api.Errno) {
 	t.Helper()
-	what = fmt.Sprintf("%s: Put(%s)", what, shown(m))
+	what = fmt.Sprintf("%s: Put(%s)", what, sample.Shown(m))
 	like := d.Copy()
 	want, wantE := taken(like, m)
 	got, err := copying.Put(d, m)
 	if err != wantE || !sample.AlikeMessages(got, want) {
-		t.Errorf("%s: %s, %v, want %s, %v", what, shown(got), err, shown(want), wantE)
+		t.Errorf("%s: %s, %v, want %s, %v", what, sample.Shown(got), err, sample.Shown(want), wantE)
 	}
 	leaves(t, what, d, like)
 	return got, err
@@ -200,7 +158,7 @@ func putStays(t *testing.T, what string, d *disk.Disk, m api.Message, want api.E
 	t.Helper()
 	was := d.Copy()
 	if _, err := puts(t, what, d, m); err != want {
-		t.Errorf("%s: Put(%s): %v, want %v", what, shown(m), err, want)
+		t.Errorf("%s: Put(%s): %v, want %v", what, sample.Shown(m), err, want)
 	}
 	leaves(t, what, d, was)
 }

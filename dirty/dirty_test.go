@@ -93,7 +93,7 @@ func clearStays(t *testing.T, what string, d *disk.Disk, e int, left uint64, wan
 // having: a disk of that size whose bitmap has one record, of that number and word.
 func having(size int, n uint32, word uint64) *disk.Disk {
 	d := sample.Disk(size)
-	sample.Lay(d, sample.RingPlace(n, 6, 2), seal.Record(n, word))
+	sample.RingLay(d, 6, 2, n, word)
 	return d
 }
 

@@ -8,7 +8,6 @@ import (
 	"twain/disk"
 	"twain/meta"
 	"twain/sample"
-	"twain/seal"
 )
 
 const (
@@ -25,14 +24,8 @@ var (
 	bitmap     = ring{6, 2}
 )
 
-// word: what the ring's latest record tells; 0 of a disk that has not all of the ring, or is broken.
-func (r ring) word(d *disk.Disk) uint64 {
-	if d.Broken() || d.Size() < r.base+r.sectors {
-		return 0
-	}
-	_, word := sample.RingLatest(d, r.base, r.sectors)
-	return word
-}
+// word: what the ring's latest record tells.
+func (r ring) word(d *disk.Disk) uint64 { return sample.RingWord(d, r.base, r.sectors) }
 
 // turn: what a Put of that mask does to a disk that works and has the ring.
 func (r ring) turn(d *disk.Disk, mask uint64) api.Errno {
@@ -41,7 +34,7 @@ func (r ring) turn(d *disk.Disk, mask uint64) api.Errno {
 
 // lay: the ring has one record, of that number and word.
 func (r ring) lay(d *disk.Disk, n uint32, word uint64) {
-	sample.Lay(d, sample.RingPlace(n, r.base, r.sectors), seal.Record(n, word))
+	sample.RingLay(d, r.base, r.sectors, n, word)
 }
 
 // known: what the disk tells of its node, by plain words.

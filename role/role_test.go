@@ -8,11 +8,6 @@ import (
 	"twain/sample"
 )
 
-// noNodes: numbers of no node, by a little, as a sum or a difference of nodes, and at the ends of an int.
-func noNodes() []int {
-	return append([]int{-3, -2, -1, 2, 3, 4, 255, 256, 257}, sample.Ends()...)
-}
-
 // met is what two nodes were when they met: was it, was the other one, Connected?
 type met struct{ mine, theirs bool }
 
@@ -31,7 +26,7 @@ func TestP26_1Arbiter(t *testing.T) {
 }
 
 func TestP26_1NoOtherOneIsTheArbiter(t *testing.T) {
-	for _, who := range noNodes() {
+	for _, who := range sample.NoNodes() {
 		if role.Arbiter(who) {
 			t.Errorf("Arbiter(%d): true", who)
 		}
@@ -72,7 +67,7 @@ func TestP26_1Source(t *testing.T) {
 
 // The chapter tells of no error here, so its words are taken as they stand: who alone was Connected gives, whatever its number; else the arbiter does, and that is none of these.
 func TestP26_1SourceOfANodeThatIsNone(t *testing.T) {
-	for _, who := range noNodes() {
+	for _, who := range sample.NoNodes() {
 		for _, m := range mets() {
 			want := m == met{mine: true}
 			if got := role.Source(who, m.mine, m.theirs); got != want {
@@ -86,7 +81,7 @@ func TestP26_1SourceOfANodeThatIsNone(t *testing.T) {
 func TestR4SourceWhateverWasAskedAhead(t *testing.T) {
 	ask := func() []bool {
 		var all []bool
-		for _, who := range append(noNodes(), 0, 1) {
+		for _, who := range append(sample.NoNodes(), 0, 1) {
 			for _, m := range mets() {
 				all = append(all, role.Source(who, m.mine, m.theirs), role.Arbiter(who))
 			}

@@ -10,19 +10,6 @@ import (
 
 const full = math.MaxUint64
 
-// union: each extent of a data area that has all of its four sectors is asked for, one by one.
-func union(mine, theirs uint64, sectors int) uint64 {
-	var set uint64
-	bit := uint64(1)
-	for last := 3; last < 256; last += 4 {
-		if last < sectors && (mine&bit != 0 || theirs&bit != 0) {
-			set += bit
-		}
-		bit *= 2
-	}
-	return set
-}
-
 // united: the Union of both, in either order, is want.
 func united(t *testing.T, mine, theirs uint64, sectors int, want uint64) {
 	t.Helper()
@@ -124,7 +111,7 @@ func TestP26_1UnionExtentByExtent(t *testing.T) {
 	for i, sectors := range sizes() {
 		for j, mine := range words {
 			if theirs := words[(j*7+i)%len(words)]; j%13 == i%13 {
-				united(t, mine, theirs, sectors, union(mine, theirs, sectors))
+				united(t, mine, theirs, sectors, sample.Union(mine, theirs, sectors))
 			}
 		}
 	}
@@ -135,7 +122,7 @@ func TestP26_1UnionOfAllSmallSets(t *testing.T) {
 	for mine := range uint64(32) {
 		for theirs := range uint64(32) {
 			for sectors := -1; sectors < 25; sectors++ {
-				united(t, mine, theirs, sectors, union(mine, theirs, sectors))
+				united(t, mine, theirs, sectors, sample.Union(mine, theirs, sectors))
 			}
 		}
 	}

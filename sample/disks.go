@@ -46,6 +46,19 @@ func Filled(size int) *disk.Disk {
 	return d
 }
 
+// HasExtent: has the disk all four sectors of extent e?
+func HasExtent(d *disk.Disk, e int) bool { return e >= 0 && e <= 63 && 8+4*e+3 < d.Size() }
+
+// ExtentBytes: what extent e of a disk that works tells.
+func ExtentBytes(d *disk.Disk, e int) []byte {
+	var b []byte
+	for i := range 4 {
+		s, _ := d.Read(8 + 4*e + i)
+		b = append(b, s[:]...)
+	}
+	return b
+}
+
 // Alike: do two disks tell the same, of each sector too? A copy made ahead of a call shows so what the call did.
 func Alike(a, b *disk.Disk) bool {
 	if a.Size() != b.Size() || a.Broken() != b.Broken() || a.Ops() != b.Ops() || !slices.Equal(a.Cached(), b.Cached()) {

@@ -120,3 +120,28 @@ func TestAlikeSectorBySector(t *testing.T) {
 		t.Errorf("sizes are not told apart")
 	}
 }
+
+// Of each disk just so many extents from 0 on, and each has the bytes of its own four sectors, cached ones too.
+func TestHasExtentAndExtentBytes(t *testing.T) {
+	for _, size := range []int{1, 8, 11, 12, 15, 16, 263, 264, api.MaxDisk} {
+		d := sample.Filled(size)
+		d.Write(size-1, api.Sector{1})
+		count := min(max(size-8, 0)/4, 64)
+		for e := -3; e < 70; e++ {
+			if got := sample.HasExtent(d, e); got != (e >= 0 && e < count) {
+				t.Errorf("HasExtent(%d) of %d sectors: %v", e, size, got)
+			}
+		}
+		for e := range count {
+			b := sample.ExtentBytes(d, e)
+			for i := range 4 {
+				if s, _ := d.Read(8 + 4*e + i); len(b) != 64 || api.Sector(b[16*i:]) != s {
+					t.Errorf("ExtentBytes(%d) of %d sectors: %v", e, size, b)
+				}
+			}
+		}
+	}
+	if sample.HasExtent(nil, 0) || sample.HasExtent(sample.Disk(264), 1<<62) {
+		t.Error("HasExtent: true, where there is none")
+	}
+}

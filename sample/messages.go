@@ -2,6 +2,8 @@ package sample
 
 import (
 	"math"
+	"slices"
+	"strconv"
 
 	"twain/api"
 )
@@ -48,6 +50,56 @@ func Messages() []api.Message {
 		}
 	}
 	return list
+}
+
+// Greet: the message that two nodes meet by.
+func Greet(mask uint64, was bool) api.Message { return api.Message{Kind: 1, Mask: mask, Was: was} }
+
+// Ext: the message that has an extent's bytes.
+func Ext(e int, b []byte) api.Message { return api.Message{Kind: 6, Off: e, Data: b} }
+
+// Have: the message that tells that an extent is there.
+func Have(e int) api.Message { return api.Message{Kind: 7, Off: e} }
+
+// NoExts: messages that are no Ext, or that may not be, those by one thing alone.
+func NoExts() []api.Message {
+	list := slices.DeleteFunc(append(Messages(), api.Message{}), func(m api.Message) bool { return m.Kind == 6 })
+	but := func(set func(m *api.Message)) {
+		m := Ext(1, Bytes(64))
+		set(&m)
+		list = append(list, m)
+	}
+	for _, kind := range append(MessageKinds(), NoMessageKinds()...) {
+		if kind != 6 {
+			but(func(m *api.Message) { m.Kind = kind })
+		}
+	}
+	for _, id := range append(append(Ids(), Ends()...), -1, -5) {
+		but(func(m *api.Message) { m.Id = id })
+	}
+	for _, mask := range Words()[1:140] {
+		but(func(m *api.Message) { m.Mask = mask })
+	}
+	but(func(m *api.Message) { m.Was = true })
+	for _, off := range NoExtents() {
+		but(func(m *api.Message) { m.Off = off })
+	}
+	for _, size := range []int{0, 1, 15, 16, 32, 48, 63, 65, 79, 80, 96, 128, 200, 1024} {
+		but(func(m *api.Message) { m.Data = Bytes(size) })
+	}
+	but(func(m *api.Message) { m.Data = nil })
+	// Bytes that lie behind the list's end are none of it.
+	but(func(m *api.Message) { m.Data = m.Data[:63] })
+	return list
+}
+
+// Shown: the message as a test's words tell it: Kind, Id, Off, Mask, Was, and of its bytes the first eight, and how many there are.
+func Shown(m api.Message) string {
+	text := "{" + strconv.Itoa(m.Kind) + " " + strconv.Itoa(m.Id) + " " + strconv.Itoa(m.Off) + " 0x" + strconv.FormatUint(m.Mask, 16) + " " + strconv.FormatBool(m.Was)
+	for _, b := range m.Data[:min(len(m.Data), 8)] {
+		text += " " + strconv.Itoa(int(b))
+	}
+	return text + " of " + strconv.Itoa(len(m.Data)) + " bytes}"
 }
 
 // AlikeMessages: have two messages the same fields, Data byte by byte? It is asked by what == tells of each field, so that no test hangs on a Same.

@@ -90,3 +90,63 @@ func TestAlikeMessages(t *testing.T) {
 		}
 	}
 }
+
+// What each is given stands in its fields, and nothing else does.
+func TestGreetExtAndHave(t *testing.T) {
+	b := []byte{1, 2, 3}
+	for _, c := range []struct{ got, want api.Message }{
+		{sample.Greet(5, false), api.Message{Kind: 1, Mask: 5}},
+		{sample.Greet(0, true), api.Message{Kind: 1, Was: true}},
+		{sample.Ext(7, b), api.Message{Kind: 6, Off: 7, Data: b}},
+		{sample.Ext(-1, nil), api.Message{Kind: 6, Off: -1}},
+		{sample.Have(63), api.Message{Kind: 7, Off: 63}},
+	} {
+		if !sample.AlikeMessages(c.got, c.want) {
+			t.Errorf("%+v, want %+v", c.got, c.want)
+		}
+	}
+}
+
+// None is an Ext that may be, by each of what an Ext has and has not; all other kinds are there, good ones too.
+func TestNoExts(t *testing.T) {
+	wrong, kinds := map[string]int{}, map[int]int{}
+	for _, m := range sample.NoExts() {
+		kinds[m.Kind]++
+		all := 0
+		for what, is := range map[string]bool{"Kind": m.Kind != 6, "Id": m.Id != 0, "Mask": m.Mask != 0, "Was": m.Was, "Off": m.Off < 0 || m.Off > 63, "Data": len(m.Data) != 64} {
+			if is {
+				wrong[what]++
+				all++
+			}
+		}
+		if all == 0 || m.Kind == 6 && all > 1 {
+			t.Errorf("%s: %d things are wrong", sample.Shown(m), all)
+		}
+	}
+	for _, what := range []string{"Kind", "Id", "Mask", "Was", "Off", "Data"} {
+		if wrong[what] == 0 {
+			t.Errorf("none is wrong by its %s", what)
+		}
+	}
+	for _, kind := range append(sample.MessageKinds(), sample.NoMessageKinds()...) {
+		if kinds[kind] == 0 {
+			t.Errorf("none is of Kind %d", kind)
+		}
+	}
+}
+
+func TestShown(t *testing.T) {
+	for _, c := range []struct {
+		m    api.Message
+		want string
+	}{
+		{api.Message{}, "{0 0 0 0x0 false of 0 bytes}"},
+		{sample.Greet(255, true), "{1 0 0 0xff true of 0 bytes}"},
+		{api.Message{Kind: -2, Id: 3, Off: 4, Data: []byte{5, 6}}, "{-2 3 4 0x0 false 5 6 of 2 bytes}"},
+		{sample.Ext(9, make([]byte, 64)), "{6 0 9 0x0 false 0 0 0 0 0 0 0 0 of 64 bytes}"},
+	} {
+		if got := sample.Shown(c.m); got != c.want {
+			t.Errorf("%s, want %s", got, c.want)
+		}
+	}
+}

@@ -26,6 +26,20 @@ func RingLatest(d *disk.Disk, base, ring int) (uint32, uint64) {
 	return number, latest
 }
 
+// RingWord: what the ring's latest record tells; 0 of a disk that has not all of the ring, or is broken.
+func RingWord(d *disk.Disk, base, ring int) uint64 {
+	if d.Size() < base+ring {
+		return 0
+	}
+	_, word := RingLatest(d, base, ring)
+	return word
+}
+
+// RingLay: the ring has that record, at its place.
+func RingLay(d *disk.Disk, base, ring int, n uint32, word uint64) {
+	Lay(d, RingPlace(n, base, ring), seal.Record(n, word))
+}
+
 // RingPut: a Write of just the next record of a ring, and a Flush, as far as the disk can do them, by chapter 7's words for a disk that works and has the ring, and a number left.
 func RingPut(d *disk.Disk, base, ring int, word uint64) api.Errno {
 	n, _ := RingLatest(d, base, ring)

@@ -106,3 +106,25 @@ func TestRingSector(t *testing.T) {
 		t.Errorf("RingSector: %d records at their place, %d elsewhere, %d of the number 0, and %d that are none", home, away, nought, none)
 	}
 }
+
+// The record that was laid is at its place, durable, and the ring's latest, if its number is the greatest; a disk that lacks a sector of the ring, or is broken, tells of none.
+func TestRingLayAndWord(t *testing.T) {
+	d := sample.Disk(8)
+	for n, want := range map[uint32]int{5: 7, 6: 6, 4294967295: 7} {
+		d := sample.Disk(8)
+		sample.RingLay(d, 6, 2, n, 9)
+		if d.Durable(want) != seal.Record(n, 9) || sample.RingWord(d, 6, 2) != 9 || sample.RingWord(d, 2, 4) != 0 {
+			t.Errorf("RingLay of record %d: %v, the word %d", n, d.Durable(want), sample.RingWord(d, 6, 2))
+		}
+	}
+	sample.RingLay(d, 2, 4, 5, 50)
+	sample.RingLay(d, 2, 4, 4, 40)
+	if sample.RingWord(d, 2, 4) != 50 || sample.RingWord(sample.Broken(d), 2, 4) != 0 {
+		t.Errorf("RingWord: %d", sample.RingWord(d, 2, 4))
+	}
+	small := sample.Disk(7)
+	sample.RingLay(small, 6, 2, 6, 9)
+	if sample.RingWord(small, 6, 2) != 0 || sample.RingWord(nil, 6, 2) != 0 {
+		t.Error("RingWord: a disk that has not all of the ring tells of a word")
+	}
+}

@@ -1,4 +1,4 @@
-// Package sample has what the tests of several layers need: inputs that they try, orders and runs to try them in, whether memory is shared, messages, disks, whether two disks are alike, and the rings on them by plain words. No layer calls it.
+// Package sample has what the tests of several layers need: inputs that they try, orders and runs to try them in, whether memory is shared, messages, disks, whether two disks are alike, and the rings and extents on them by plain words. No layer calls it.
 package sample
 
 import (
@@ -52,6 +52,11 @@ func NoExtents() []int {
 	return []int{math.MinInt, math.MinInt + 1, math.MinInt32, -65, -64, -63, -4, -2, -1, 64, 65, 127, 128, 253, 254, 255, 256, 1024, math.MaxInt32, 1 << 32, 1<<32 + 1, 1 << 60, 1 << 61, 1 << 62, 1<<62 + 1, math.MaxInt - 1, math.MaxInt}
 }
 
+// NoNodes: numbers of no node, by a little, as a sum or a difference of nodes, and at the ends of an int.
+func NoNodes() []int {
+	return append([]int{-3, -2, -1, 2, 3, 4, 255, 256, 257}, Ends()...)
+}
+
 // Members: the set's numbers, rising, found by asking each bit of the word.
 func Members(set uint64) []int {
 	var list []int
@@ -72,6 +77,19 @@ func Without(set uint64, number int) uint64 {
 		}
 	}
 	return left
+}
+
+// Union: the extents of both sets all of whose four sectors a data area of so many has; each is asked for, one by one.
+func Union(mine, theirs uint64, sectors int) uint64 {
+	var set uint64
+	bit := uint64(1)
+	for last := 3; last < 256; last += 4 {
+		if last < sectors && (mine&bit != 0 || theirs&bit != 0) {
+			set += bit
+		}
+		bit *= 2
+	}
+	return set
 }
 
 // Bytes: n bytes of no pattern; the same ones at each call.

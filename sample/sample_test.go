@@ -231,3 +231,38 @@ func TestRank(t *testing.T) {
 		}
 	}
 }
+
+// Neither node is among them, and those beside both, and both ends of an int, are.
+func TestNoNodes(t *testing.T) {
+	list := sample.NoNodes()
+	for _, n := range []int{0, 1} {
+		if slices.Contains(list, n) {
+			t.Errorf("%d is there", n)
+		}
+	}
+	for _, n := range []int{math.MinInt, -1, 2, 1<<32 + 1, math.MaxInt} {
+		if !slices.Contains(list, n) {
+			t.Errorf("%d is not there", n)
+		}
+	}
+	sample.Spoil(list)
+	if sample.NoNodes()[0] != -3 {
+		t.Error("two answers share memory")
+	}
+}
+
+// An extent is there with its last sector, whichever of the sets has it.
+func TestUnion(t *testing.T) {
+	for _, c := range []struct {
+		mine, theirs uint64
+		sectors      int
+		want         uint64
+	}{
+		{5, 2, 12, 7}, {5, 2, 11, 3}, {5, 2, 8, 3}, {5, 3, 4, 1}, {5, 2, 3, 0}, {5, 2, 0, 0}, {5, 2, -4, 0}, {0, 0, 256, 0},
+		{math.MaxUint64, 0, 256, math.MaxUint64}, {0, math.MaxUint64, 255, math.MaxUint64 >> 1}, {1 << 63, 1, math.MaxInt, 1<<63 + 1}, {1, 1, math.MinInt, 0},
+	} {
+		if got := sample.Union(c.mine, c.theirs, c.sectors); got != c.want {
+			t.Errorf("Union(%#x, %#x, %d): %#x, want %#x", c.mine, c.theirs, c.sectors, got, c.want)
+		}
+	}
+}
