@@ -124,6 +124,13 @@ func TestP17_1WhatAKindDoesNotHave(t *testing.T) {
 	}
 }
 
+// What other layers' tests try as what may not be is refused here.
+func TestP17_1NoMessages(t *testing.T) {
+	for _, m := range sample.NoMessages() {
+		asked(t, m, false)
+	}
+}
+
 func TestP17_1WrongKinds(t *testing.T) {
 	for _, kind := range sample.NoMessageKinds() {
 		for _, m := range sample.Messages() {

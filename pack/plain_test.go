@@ -13,29 +13,6 @@ import (
 // greatestId is the last Id that may be.
 const greatestId = 72057594037927935
 
-// isGood: Good by the chapter's words, one kind behind the other, with the limits' numbers written out.
-func isGood(m api.Message) bool {
-	isId := m.Id >= 1 && m.Id <= greatestId
-	isExtent := m.Off >= 0 && m.Off <= 63
-	noGreet := !m.Was && m.Mask == 0
-	switch m.Kind {
-	case 1:
-		return m.Id == 0 && m.Off == 0 && len(m.Data) == 0
-	case 2:
-		sectors := map[int]int{16: 1, 32: 2, 48: 3, 64: 4, 80: 5, 96: 6, 112: 7, 128: 8}
-		return noGreet && isId && m.Off >= 0 && m.Off <= 255 && sectors[len(m.Data)] > 0
-	case 3, 4, 5:
-		return noGreet && isId && m.Off == 0 && len(m.Data) == 0
-	case 6:
-		return noGreet && m.Id == 0 && isExtent && len(m.Data) == 64
-	case 7:
-		return noGreet && m.Id == 0 && isExtent && len(m.Data) == 0
-	case 8:
-		return noGreet && m.Id == 0 && m.Off == 0 && len(m.Data) == 0
-	}
-	return false
-}
-
 // bytesOf: Bytes by the chapter's words of a message that is good.
 func bytesOf(m api.Message) []byte {
 	list := []byte{byte(m.Kind)}
@@ -90,7 +67,7 @@ func parsed(b []byte) (api.Message, api.Errno) {
 	case 6, 7:
 		m.Off = int(sample.Number(b[1:3]))
 	}
-	if !isGood(m) {
+	if !sample.IsMessage(m) {
 		return api.Message{}, api.ErrBad
 	}
 	return m, api.OK
@@ -135,7 +112,7 @@ func messages(kind int, ids, offs, sizes []int, masks []uint64) []api.Message {
 // looked: are Good and Bytes of a message as the chapter's words tell?
 func looked(t *testing.T, m api.Message) bool {
 	t.Helper()
-	want := isGood(m)
+	want := sample.IsMessage(m)
 	if got := pack.Good(m); got != want {
 		t.Fatalf("Good(%+v): %v, want %v", m, got, want)
 	}

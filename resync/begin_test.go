@@ -53,14 +53,14 @@ func TestP30_1Example(t *testing.T) {
 	g := api.Message{Kind: pack.Greet}
 	r, told, err := resync.Begin(d, 0, 8, g, g)
 	if err != api.OK || len(told) != 1 || !pack.Same(told[0], api.Message{Kind: pack.End}) || !r.Source() || !r.Over() || r.Left() != 0 || d.Ops() != 0 {
-		t.Errorf("the source: %v, %v, Ops %d", shown(told), err, d.Ops())
+		t.Errorf("the source: %v, %v, Ops %d", sample.ShownAll(told), err, d.Ops())
 	}
 	r, told, err = resync.Begin(d, 1, 8, g, g)
 	if err != api.OK || len(told) != 0 || r.Source() || r.Over() || r.Left() != 0 || d.Ops() != 0 {
-		t.Errorf("the target: %v, %v, Ops %d", shown(told), err, d.Ops())
+		t.Errorf("the target: %v, %v, Ops %d", sample.ShownAll(told), err, d.Ops())
 	}
 	if told, err = r.Take(api.Message{Kind: pack.End}); err != api.OK || len(told) != 0 || !r.Over() {
-		t.Errorf("the target, of an End: %v, %v, Over %v", shown(told), err, r.Over())
+		t.Errorf("the target, of an End: %v, %v, Over %v", sample.ShownAll(told), err, r.Over())
 	}
 }
 
@@ -72,9 +72,9 @@ func TestP30_1WhoGives(t *testing.T) {
 	}{{false, false, [2]bool{true, false}}, {true, true, [2]bool{true, false}}, {true, false, [2]bool{true, true}}, {false, true, [2]bool{false, false}}} {
 		for who := range 2 {
 			for _, mask := range []uint64{0, 3} {
-				n, told, err := begins(t, "who gives", having(16, 0, 0), who, 8, sample.Greet(mask, c.mine), sample.Greet(0, c.theirs))
+				n, told, err := begins(t, "who gives", sample.Knowing(16, 0, 0), who, 8, sample.Greet(mask, c.mine), sample.Greet(0, c.theirs))
 				if err != api.OK || n.r.Source() != c.source[who] || n.r.Source() != (len(told) > 0) || n.r.Over() != (mask == 0 && c.source[who]) {
-					t.Errorf("node %d, %v, %v: %v, Source %v, Over %v", who, c.mine, c.theirs, shown(told), n.r.Source(), n.r.Over())
+					t.Errorf("node %d, %v, %v: %v, Source %v, Over %v", who, c.mine, c.theirs, sample.ShownAll(told), n.r.Source(), n.r.Over())
 				}
 			}
 		}
@@ -106,7 +106,7 @@ func opens(t *testing.T, what string, d *disk.Disk, who int, mine, theirs api.Me
 		list = nil
 	case union == 0:
 		if len(told) != 1 || !sample.AlikeMessages(told[0], end()) || !n.r.Over() {
-			t.Errorf("%s: of no extent: %v, Over %v", what, shown(told), n.r.Over())
+			t.Errorf("%s: of no extent: %v, Over %v", what, sample.ShownAll(told), n.r.Over())
 		}
 		return
 	}
@@ -126,7 +126,7 @@ func TestP30_1Begin(t *testing.T) {
 		for _, pair := range masks() {
 			union := sample.Union(pair[0], pair[1], size-8)
 			for _, k := range knowns(union) {
-				start := having(size, k.hot, k.dirty)
+				start := sample.Knowing(size, k.hot, k.dirty)
 				for who := range 2 {
 					for _, mine := range flags() {
 						for _, theirs := range flags() {
@@ -142,14 +142,14 @@ func TestP30_1Begin(t *testing.T) {
 
 // What is cached is given as it is read.
 func TestP30_1BeginGivesWhatIsCached(t *testing.T) {
-	d := having(16, 0, 3)
+	d := sample.Knowing(16, 0, 3)
 	b := sample.Bytes(64)
 	for i := range 4 {
 		d.Write(12+i, api.Sector(b[16*i:]))
 	}
 	_, told, _ := begins(t, "cached", d, 0, 8, sample.Greet(3, true), sample.Greet(0, true))
 	if len(told) != 2 || !bytes.Equal(told[1].Data, b) || len(d.Cached()) != 4 {
-		t.Errorf("%v, Cached %v, want the Ext of 1 with %v", shown(told), d.Cached(), b)
+		t.Errorf("%v, Cached %v, want the Ext of 1 with %v", sample.ShownAll(told), d.Cached(), b)
 	}
 }
 
@@ -184,10 +184,10 @@ func noGreets() []api.Message {
 
 // In either's place, and in both, at either node, and whatever the disk is.
 func TestP30_1NoGreet(t *testing.T) {
-	breaks := having(16, 1, 2)
+	breaks := sample.Knowing(16, 1, 2)
 	breaks.Fuse(0)
 	good := sample.Greet(3, true)
-	for what, d := range map[string]*disk.Disk{"a disk that works": having(16, 1, 2), "no operation left": breaks, "broken": sample.Broken(having(16, 1, 2)), "a small one": sample.Disk(1), "none": nil} {
+	for what, d := range map[string]*disk.Disk{"a disk that works": sample.Knowing(16, 1, 2), "no operation left": breaks, "broken": sample.Broken(sample.Knowing(16, 1, 2)), "a small one": sample.Disk(1), "none": nil} {
 		for _, bad := range noGreets() {
 			for who := range 2 {
 				beginStays(t, what, d, who, 8, bad, good, api.ErrArg)
@@ -205,15 +205,15 @@ func TestP30_1NoGreet(t *testing.T) {
 func TestP30_1GreetsOfNoData(t *testing.T) {
 	mine, theirs := sample.Greet(1, false), sample.Greet(2, false)
 	mine.Data, theirs.Data = []byte{}, make([]byte, 0, 40)
-	if _, told, err := begins(t, "empty Data", having(16, 1, 2), 0, 8, mine, theirs); err != api.OK || len(told) != 2 {
-		t.Errorf("%v, %v", shown(told), err)
+	if _, told, err := begins(t, "empty Data", sample.Knowing(16, 1, 2), 0, 8, mine, theirs); err != api.OK || len(told) != 2 {
+		t.Errorf("%v, %v", sample.ShownAll(told), err)
 	}
 }
 
 func TestP30_1NoNode(t *testing.T) {
 	for _, who := range sample.NoNodes() {
 		for _, was := range flags() {
-			for _, d := range []*disk.Disk{having(16, 1, 2), sample.Broken(having(16, 1, 2)), nil} {
+			for _, d := range []*disk.Disk{sample.Knowing(16, 1, 2), sample.Broken(sample.Knowing(16, 1, 2)), nil} {
 				beginStays(t, "no node", d, who, 8, sample.Greet(3, was), sample.Greet(1, !was), api.ErrArg)
 			}
 		}
@@ -227,15 +227,15 @@ func TestP30_1NoSectors(t *testing.T) {
 		if sectors > 3 {
 			continue
 		}
-		d := having(16, 1, 2)
+		d := sample.Knowing(16, 1, 2)
 		n, told, err := begins(t, "no sectors", d, 0, sectors, sample.Greet(all, false), sample.Greet(all, false))
 		if err != api.OK || len(told) != 1 || told[0].Kind != pack.End || !n.r.Over() || meta.Mine(meta.Look(d)) != 0 {
-			t.Errorf("the source, of %d sectors: %v, %v, Mine %#x", sectors, shown(told), err, meta.Mine(meta.Look(d)))
+			t.Errorf("the source, of %d sectors: %v, %v, Mine %#x", sectors, sample.ShownAll(told), err, meta.Mine(meta.Look(d)))
 		}
-		d = having(16, 1, 2)
+		d = sample.Knowing(16, 1, 2)
 		n, told, err = begins(t, "no sectors", d, 1, sectors, sample.Greet(all, false), sample.Greet(all, false))
 		if err != api.OK || len(told) != 0 || n.r.Over() || n.r.Left() != 0 || meta.Mine(meta.Look(d)) != 0 {
-			t.Errorf("the target, of %d sectors: %v, %v, Mine %#x", sectors, shown(told), err, meta.Mine(meta.Look(d)))
+			t.Errorf("the target, of %d sectors: %v, %v, Mine %#x", sectors, sample.ShownAll(told), err, meta.Mine(meta.Look(d)))
 		}
 	}
 }
@@ -244,7 +244,7 @@ func TestP30_1NoSectors(t *testing.T) {
 func TestP30_1FewerSectors(t *testing.T) {
 	for sectors := 4; sectors <= 256; sectors++ {
 		for who := range 2 {
-			d := having(264, all, 0)
+			d := sample.Knowing(264, all, 0)
 			n, told, err := begins(t, "fewer sectors", d, who, sectors, sample.Greet(all, false), sample.Greet(1, false))
 			want := sample.Union(all, 1, sectors)
 			if err != api.OK || n.r.Left() != want || dirty.Get(d) != want || len(told) != (1-who)*(sectors/4) {
@@ -261,11 +261,11 @@ func TestP30_1MoreSectorsThanTheDiskHas(t *testing.T) {
 			union := sample.Union(mask, 0, sectors)
 			for who := range 2 {
 				for _, size := range []int{16, 17, 19} {
-					d := having(size, 1, 2)
+					d := sample.Knowing(size, 1, 2)
 					n, told, err := begins(t, "more sectors", d, who, sectors, sample.Greet(mask, false), sample.Greet(0, false))
 					fails := who == 0 && union > 3
 					if (n == nil) != fails || (err == api.ErrRange) != fails || fails && told != nil || actlog.Get(d) != 0 || dirty.Get(d) != union {
-						t.Errorf("node %d, %d sectors, the Mask %#x: %v, %v, the log %#x, the bitmap %#x", who, sectors, mask, shown(told), err, actlog.Get(d), dirty.Get(d))
+						t.Errorf("node %d, %d sectors, the Mask %#x: %v, %v, the log %#x, the bitmap %#x", who, sectors, mask, sample.ShownAll(told), err, actlog.Get(d), dirty.Get(d))
 					}
 				}
 			}
@@ -279,7 +279,7 @@ func TestP30_1ABrokenDisk(t *testing.T) {
 		for _, k := range knowns(3) {
 			for _, mask := range []uint64{0, 1, 3, all} {
 				for who := range 2 {
-					d := sample.Broken(having(size, k.hot, k.dirty))
+					d := sample.Broken(sample.Knowing(size, k.hot, k.dirty))
 					beginStays(t, "broken", d, who, size-8, sample.Greet(mask, false), sample.Greet(0, false), api.ErrDown)
 					d.Fuse(9)
 					beginStays(t, "broken, with a fuse", d, who, size-8, sample.Greet(mask, false), sample.Greet(0, false), api.ErrDown)
@@ -297,7 +297,7 @@ func TestP30_1TheFuseEndsWithinTheRetire(t *testing.T) {
 			for _, spares := range []uint64{0, 1, all} {
 				for who := range 2 {
 					what := fmt.Sprintf("node %d, that knows %+v, with %d operations", who, k, ops)
-					d := having(24, k.hot, k.dirty)
+					d := sample.Knowing(24, k.hot, k.dirty)
 					d.Fuse(ops)
 					n, told, err := begins(t, what, d, who, 16, sample.Greet(mask, false), sample.Greet(8, false))
 					if ops == k.costs(sample.Union(mask, 8, 16)) {
@@ -307,7 +307,7 @@ func TestP30_1TheFuseEndsWithinTheRetire(t *testing.T) {
 						continue
 					}
 					if n != nil || told != nil || err != api.ErrDown || !d.Broken() {
-						t.Errorf("%s: %v, %v, Broken %v", what, shown(told), err, d.Broken())
+						t.Errorf("%s: %v, %v, Broken %v", what, sample.ShownAll(told), err, d.Broken())
 					}
 					d.Crash(spares)
 					if mine := meta.Mine(meta.Look(d)); mine&mask&15 != mask&15 {
@@ -325,16 +325,16 @@ func TestP30_1TheFuseEndsWithinTheRetire(t *testing.T) {
 // Rings that have no number left: the Retire's error. The bitmap comes first: where it fails the log is as it was, and where the log fails the bitmap has been put.
 func TestP30_1BehindTheLastRecord(t *testing.T) {
 	for who := range 2 {
-		d := having(16, 1, 0)
+		d := sample.Knowing(16, 1, 0)
 		sample.RingLay(d, 6, 2, greatest, 2)
 		beginStays(t, "the bitmap's last record", d, who, 8, sample.Greet(3, false), sample.Greet(0, false), api.ErrRange)
 		if n, _, err := begins(t, "the same bitmap", d, who, 8, sample.Greet(2, false), sample.Greet(0, false)); n == nil || err != api.OK || actlog.Get(d) != 0 {
 			t.Errorf("node %d: %v, the log %#x", who, err, actlog.Get(d))
 		}
-		d = having(16, 0, 2)
+		d = sample.Knowing(16, 0, 2)
 		sample.RingLay(d, 2, 4, greatest, 1)
 		if n, told, err := begins(t, "the log's last record", d, who, 8, sample.Greet(3, false), sample.Greet(0, false)); n != nil || told != nil || err != api.ErrRange || dirty.Get(d) != 3 || actlog.Get(d) != 1 {
-			t.Errorf("node %d: %v, %v, the bitmap %#x, the log %#x", who, shown(told), err, dirty.Get(d), actlog.Get(d))
+			t.Errorf("node %d: %v, %v, the bitmap %#x, the log %#x", who, sample.ShownAll(told), err, dirty.Get(d), actlog.Get(d))
 		}
 	}
 }
@@ -355,8 +355,8 @@ func TestP30_1DisksWithoutABitmap(t *testing.T) {
 // Of all that may be wrong the first thing is told: the arguments, the disk that no call made or is broken, the rings' last records, and the extent that is not there.
 func TestP30_1ErrorsInOrder(t *testing.T) {
 	good, bad := sample.Greet(7, false), sample.Have(1)
-	works, broken := having(16, 1, 2), sample.Broken(having(16, 1, 2))
-	last := having(16, 1, 0)
+	works, broken := sample.Knowing(16, 1, 2), sample.Broken(sample.Knowing(16, 1, 2))
+	last := sample.Knowing(16, 1, 0)
 	sample.RingLay(last, 6, 2, greatest, 2)
 	for _, c := range []struct {
 		d            *disk.Disk

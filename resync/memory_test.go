@@ -19,9 +19,9 @@ func TestR3TheGreets(t *testing.T) {
 		var memories [2][]byte
 		mine.Data, memories[0] = sample.WithRoom([]byte{}, 9, 100)
 		theirs.Data, memories[1] = sample.WithRoom([]byte{}, 9, 100)
-		n, told, err := begins(t, "with room", having(16, 1, 2), who, 8, mine, theirs)
+		n, told, err := begins(t, "with room", sample.Knowing(16, 1, 2), who, 8, mine, theirs)
 		if err != api.OK || mine.Mask != 1 || theirs.Mask != 2 || len(told) != 2-2*who {
-			t.Errorf("node %d: %v, %v", who, shown(told), err)
+			t.Errorf("node %d: %v, %v", who, sample.ShownAll(told), err)
 		}
 		for _, memory := range memories {
 			if !bytes.Equal(memory, bytes.Repeat([]byte{9}, 100)) {
@@ -78,7 +78,7 @@ func spoils(t *testing.T, told []api.Message) {
 
 // What a source tells is the caller's: whoever changes it changes neither the disk, nor the Resync, nor what another call tells.
 func TestR3WhatTheSourceTells(t *testing.T) {
-	d := having(24, 15, 0)
+	d := sample.Knowing(24, 15, 0)
 	n, told, _ := begins(t, "the source", d, 0, 16, sample.Greet(15, false), sample.Greet(0, false))
 	spoils(t, told)
 	n.stands(t, "what was told is changed")
@@ -101,8 +101,8 @@ func TestR3WhatTheSourceTells(t *testing.T) {
 	_, one, _ := begins(t, "no extent", d, 0, 16, sample.Greet(0, false), sample.Greet(0, false))
 	_, two, _ := begins(t, "no extent", d, 0, 16, sample.Greet(0, false), sample.Greet(0, false))
 	spoils(t, one)
-	if !alike(two, []api.Message{end()}) {
-		t.Errorf("an End that was changed changed another one: %v", shown(two))
+	if !sample.AlikeAll(two, []api.Message{end()}) {
+		t.Errorf("an End that was changed changed another one: %v", sample.ShownAll(two))
 	}
 }
 
@@ -123,8 +123,8 @@ func TestR3WhatTheTargetTells(t *testing.T) {
 		}
 		n.stands(t, "the Have that was told is changed")
 	}
-	if !alike(first, []api.Message{sample.Have(0)}) {
-		t.Errorf("a Have that was changed changed another one: %v", shown(first))
+	if !sample.AlikeAll(first, []api.Message{sample.Have(0)}) {
+		t.Errorf("a Have that was changed changed another one: %v", sample.ShownAll(first))
 	}
 }
 
@@ -154,7 +154,7 @@ func TestR4ResyncsGoTheirOwnWays(t *testing.T) {
 
 // Two Resyncs on one disk: each has its own extents left, and its own end; what one did to the disk the other finds there.
 func TestR4TwoOnOneDisk(t *testing.T) {
-	d := having(16, 3, 0)
+	d := sample.Knowing(16, 3, 0)
 	g := sample.Greet(3, false)
 	one, _, _ := resync.Begin(d, 0, 8, g, g)
 	other, _, _ := resync.Begin(d, 0, 8, g, g)
@@ -168,7 +168,7 @@ func TestR4TwoOnOneDisk(t *testing.T) {
 	}{{one, 0, 2, 0, [2]uint64{2, 3}}, {other, 0, 2, 0, [2]uint64{2, 2}}, {other, 1, 4, 1, [2]uint64{2, 0}}, {one, 1, 4, 1, [2]uint64{0, 0}}} {
 		told, err := c.r.Take(sample.Have(c.e))
 		if len(told) != c.told || err != api.OK || d.Ops() != ops+c.ops || one.Left() != c.left[0] || other.Left() != c.left[1] {
-			t.Errorf("step %d: %v, %v, %d operations, Left %#x, %#x", i, shown(told), err, d.Ops()-ops, one.Left(), other.Left())
+			t.Errorf("step %d: %v, %v, %d operations, Left %#x, %#x", i, sample.ShownAll(told), err, d.Ops()-ops, one.Left(), other.Left())
 		}
 	}
 }
@@ -176,12 +176,12 @@ func TestR4TwoOnOneDisk(t *testing.T) {
 // The same calls, on disks that are alike, tell the same, and leave them alike.
 func TestR4TheSameAgain(t *testing.T) {
 	for who := range 2 {
-		one, other := having(32, 7, 56), having(32, 7, 56)
+		one, other := sample.Knowing(32, 7, 56), sample.Knowing(32, 7, 56)
 		mine, theirs := sample.Greet(63, false), sample.Greet(1, false)
 		r, told, _ := resync.Begin(one, who, 24, mine, theirs)
 		s, again, _ := resync.Begin(other, who, 24, mine, theirs)
-		if !alike(told, again) {
-			t.Errorf("Begin: %v, and again %v", shown(told), shown(again))
+		if !sample.AlikeAll(told, again) {
+			t.Errorf("Begin: %v, and again %v", sample.ShownAll(told), sample.ShownAll(again))
 		}
 		for i, w := range sample.Words()[130:400] {
 			m := sample.Have(int(w >> 8 % 7))
@@ -192,8 +192,8 @@ func TestR4TheSameAgain(t *testing.T) {
 			other.Fuse(int(w >> 20 % 9))
 			told, err := r.Take(m)
 			again, errAgain := s.Take(m)
-			if !alike(told, again) || err != errAgain || r.Left() != s.Left() || r.Over() != s.Over() {
-				t.Errorf("Take(%s): %v, %v, and again %v, %v", sample.Shown(m), shown(told), err, shown(again), errAgain)
+			if !sample.AlikeAll(told, again) || err != errAgain || r.Left() != s.Left() || r.Over() != s.Over() {
+				t.Errorf("Take(%s): %v, %v, and again %v, %v", sample.Shown(m), sample.ShownAll(told), err, sample.ShownAll(again), errAgain)
 			}
 			leaves(t, "the same Take", one, other)
 			one.Crash(w >> 30)
@@ -208,7 +208,7 @@ func TestR5AResyncThatNoCallMade(t *testing.T) {
 		for range 2 {
 			for _, m := range append(anything(), sample.Ext(0, sample.Bytes(64)), sample.Have(0), end()) {
 				if told, err := r.Take(m); told != nil || err != api.ErrMade {
-					t.Fatalf("Take(%s): %v, %v, want nothing, %v", sample.Shown(m), shown(told), err, api.ErrMade)
+					t.Fatalf("Take(%s): %v, %v, want nothing, %v", sample.Shown(m), sample.ShownAll(told), err, api.ErrMade)
 				}
 			}
 			if r.Source() || r.Over() || r.Left() != 0 {

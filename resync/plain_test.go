@@ -102,18 +102,6 @@ type node struct {
 	plain *plain
 }
 
-// alike: have two lists the same messages?
-func alike(a, b []api.Message) bool { return slices.EqualFunc(a, b, sample.AlikeMessages) }
-
-// shown: messages as a test's words tell them.
-func shown(list []api.Message) []string {
-	var texts []string
-	for _, m := range list {
-		texts = append(texts, sample.Shown(m))
-	}
-	return texts
-}
-
 // leaves: is the disk as the other one, to which the same was done by the chapter's words?
 func leaves(t *testing.T, what string, d, want *disk.Disk) {
 	t.Helper()
@@ -128,8 +116,8 @@ func begins(t *testing.T, what string, d *disk.Disk, who, sectors int, mine, the
 	like := d.Copy()
 	p, want, wantE := begun(like, who, sectors, mine, theirs)
 	r, told, err := resync.Begin(d, who, sectors, mine, theirs)
-	if err != wantE || !alike(told, want) || (r == nil) != (p == nil) {
-		t.Fatalf("%s: Begin(%d, %d, %s, %s): %v, %v, %v, want %v, %v", what, who, sectors, sample.Shown(mine), sample.Shown(theirs), r, shown(told), err, shown(want), wantE)
+	if err != wantE || !sample.AlikeAll(told, want) || (r == nil) != (p == nil) {
+		t.Fatalf("%s: Begin(%d, %d, %s, %s): %v, %v, %v, want %v, %v", what, who, sectors, sample.Shown(mine), sample.Shown(theirs), r, sample.ShownAll(told), err, sample.ShownAll(want), wantE)
 	}
 	leaves(t, what, d, like)
 	if r == nil {
@@ -166,8 +154,8 @@ func (n *node) takes(t *testing.T, what string, m api.Message) ([]api.Message, a
 	t.Helper()
 	want, wantE := n.plain.take(m)
 	got, err := n.r.Take(m)
-	if err != wantE || !alike(got, want) {
-		t.Fatalf("%s: Take(%s): %v, %v, want %v, %v", what, sample.Shown(m), shown(got), err, shown(want), wantE)
+	if err != wantE || !sample.AlikeAll(got, want) {
+		t.Fatalf("%s: Take(%s): %v, %v, want %v, %v", what, sample.Shown(m), sample.ShownAll(got), err, sample.ShownAll(want), wantE)
 	}
 	n.stands(t, what)
 	return got, err
@@ -176,8 +164,8 @@ func (n *node) takes(t *testing.T, what string, m api.Message) ([]api.Message, a
 // answers: is that told, and nothing wrong?
 func (n *node) answers(t *testing.T, what string, m api.Message, want ...api.Message) {
 	t.Helper()
-	if got, err := n.takes(t, what, m); !alike(got, want) || err != api.OK {
-		t.Fatalf("%s: Take(%s): %v, %v, want %v, OK", what, sample.Shown(m), shown(got), err, shown(want))
+	if got, err := n.takes(t, what, m); !sample.AlikeAll(got, want) || err != api.OK {
+		t.Fatalf("%s: Take(%s): %v, %v, want %v, OK", what, sample.Shown(m), sample.ShownAll(got), err, sample.ShownAll(want))
 	}
 }
 
@@ -186,7 +174,7 @@ func (n *node) takeStays(t *testing.T, what string, m api.Message, want api.Errn
 	t.Helper()
 	was, left, over := n.d.Copy(), n.r.Left(), n.r.Over()
 	if got, err := n.takes(t, what, m); len(got) != 0 || err != want || n.r.Left() != left || n.r.Over() != over {
-		t.Fatalf("%s: Take(%s): %v, %v, Left %#x, Over %v, want nothing, %v, %#x, %v", what, sample.Shown(m), shown(got), err, n.r.Left(), n.r.Over(), want, left, over)
+		t.Fatalf("%s: Take(%s): %v, %v, Left %#x, Over %v, want nothing, %v, %#x, %v", what, sample.Shown(m), sample.ShownAll(got), err, n.r.Left(), n.r.Over(), want, left, over)
 	}
 	leaves(t, what, n.d, was)
 }
@@ -203,27 +191,19 @@ func (n *node) crash(mask uint64) {
 	n.plain.d.Crash(mask)
 }
 
-// having: a disk of that size with bytes in each sector, and that log and bitmap.
-func having(size int, hot, dirty uint64) *disk.Disk {
-	d := sample.Filled(size)
-	sample.RingLay(d, 2, 4, 5, hot)
-	sample.RingLay(d, 6, 2, 5, dirty)
-	return d
-}
-
 // end: the message that tells that nothing is left to copy.
 func end() api.Message { return api.Message{Kind: 8} }
 
 // sourceOf: a node that gives the extents of that set, on a disk of that size.
 func sourceOf(t *testing.T, size int, set uint64) *node {
 	t.Helper()
-	n, _, _ := begins(t, "the source", having(size, set, 0), 0, size-8, sample.Greet(set, false), sample.Greet(0, false))
+	n, _, _ := begins(t, "the source", sample.Knowing(size, set, 0), 0, size-8, sample.Greet(set, false), sample.Greet(0, false))
 	return n
 }
 
 // targetOf: a node that gets the extents of that set, on a disk of that size.
 func targetOf(t *testing.T, size int, set uint64) *node {
 	t.Helper()
-	n, _, _ := begins(t, "the target", having(size, 0, set), 1, size-8, sample.Greet(set, false), sample.Greet(0, false))
+	n, _, _ := begins(t, "the target", sample.Knowing(size, 0, set), 1, size-8, sample.Greet(set, false), sample.Greet(0, false))
 	return n
 }

@@ -221,7 +221,7 @@ func TestP30_2AHaveOfWhatIsNotLeft(t *testing.T) {
 // Extents that the data area has not are not of the union: a Have of one does nothing.
 func TestP30_2AHaveOfAnExtentThatIsNotThere(t *testing.T) {
 	for _, size := range []int{16, 17, 19} {
-		n, _, _ := begins(t, "more in the Mask", having(size, all, 0), 0, size-8, sample.Greet(all, false), sample.Greet(all, false))
+		n, _, _ := begins(t, "more in the Mask", sample.Knowing(size, all, 0), 0, size-8, sample.Greet(all, false), sample.Greet(all, false))
 		for off := 2; off < 64; off++ {
 			n.takeStays(t, "not there", sample.Have(off), api.OK)
 		}
@@ -300,13 +300,13 @@ func TestP30_2AnExtThatIsNotThere(t *testing.T) {
 		sample.Broken(n.plain.d)
 		n.takeStays(t, "not there, and the disk is broken", sample.Ext(63, bytesFor(0)), api.ErrRange)
 	}
-	n, _, _ := begins(t, "fewer sectors", having(24, 0, 7), 1, 8, sample.Greet(7, false), sample.Greet(0, false))
+	n, _, _ := begins(t, "fewer sectors", sample.Knowing(24, 0, 7), 1, 8, sample.Greet(7, false), sample.Greet(0, false))
 	got(t, n, 2, bytesFor(2))
 	if n.r.Left() != 3 {
 		t.Errorf("behind an Ext beyond the sectors: Left %#x", n.r.Left())
 	}
 	// And one that is left, since more sectors were told than there are: it stays left.
-	n, _, _ = begins(t, "more sectors", having(16, 0, 7), 1, 16, sample.Greet(7, false), sample.Greet(0, false))
+	n, _, _ = begins(t, "more sectors", sample.Knowing(16, 0, 7), 1, 16, sample.Greet(7, false), sample.Greet(0, false))
 	n.takeStays(t, "more sectors", sample.Ext(2, bytesFor(2)), api.ErrRange)
 	if n.r.Left() != 7 {
 		t.Errorf("behind an Ext that is not there: Left %#x", n.r.Left())
@@ -320,7 +320,7 @@ func breaks(t *testing.T, n *node, m api.Message, ops int, spares uint64, want .
 	left := n.r.Left()
 	n.fuse(ops)
 	if told, err := n.takes(t, what, m); told != nil || err != api.ErrDown || n.r.Left() != left || n.r.Over() || !n.d.Broken() {
-		t.Fatalf("%s: Take(%s): %v, %v, Left %#x, want %#x, Over %v", what, sample.Shown(m), shown(told), err, n.r.Left(), left, n.r.Over())
+		t.Fatalf("%s: Take(%s): %v, %v, Left %#x, want %#x, Over %v", what, sample.Shown(m), sample.ShownAll(told), err, n.r.Left(), left, n.r.Over())
 	}
 	n.takeStays(t, what+", still broken", m, api.ErrDown)
 	n.crash(spares)
@@ -387,7 +387,7 @@ func TestP30_2ABrokenDisk(t *testing.T) {
 // A bitmap that has no number left: the error is told, and the extent is left; at the target its bytes have been written.
 func TestP30_2BehindTheLastRecord(t *testing.T) {
 	for who := range 2 {
-		d := having(16, 0, 0)
+		d := sample.Knowing(16, 0, 0)
 		sample.RingLay(d, 6, 2, greatest, 3)
 		n, _, err := begins(t, "the last record", d, who, 8, sample.Greet(3, false), sample.Greet(0, false))
 		if err != api.OK {
@@ -398,7 +398,7 @@ func TestP30_2BehindTheLastRecord(t *testing.T) {
 			m = sample.Ext(1, bytesFor(1))
 		}
 		if told, err := n.takes(t, "the last record", m); told != nil || err != api.ErrRange || n.r.Left() != 3 || dirty.Get(d) != 3 {
-			t.Errorf("node %d: %v, %v, Left %#x, the bitmap %#x", who, shown(told), err, n.r.Left(), dirty.Get(d))
+			t.Errorf("node %d: %v, %v, Left %#x, the bitmap %#x", who, sample.ShownAll(told), err, n.r.Left(), dirty.Get(d))
 		}
 		if who == 1 && !slices.Equal(sample.ExtentBytes(d, 1), bytesFor(1)) {
 			t.Errorf("the extent became %v", sample.ExtentBytes(d, 1))
@@ -429,7 +429,7 @@ func TestP30_2AllShortRuns(t *testing.T) {
 func TestP30_2LongRuns(t *testing.T) {
 	for i, set := range []uint64{0b111111, 0b101010, 1, 0} {
 		for who := range 2 {
-			d := having(32, set, 0)
+			d := sample.Knowing(32, set, 0)
 			var n *node
 			for _, w := range sample.Words()[130+300*i : 430+300*i] {
 				if n == nil || w>>3%40 == 0 {

@@ -46,6 +46,14 @@ func Filled(size int) *disk.Disk {
 	return d
 }
 
+// Knowing: a disk as Filled has it, but for that log and that bitmap.
+func Knowing(size int, hot, dirty uint64) *disk.Disk {
+	d := Filled(size)
+	RingLay(d, 2, 4, 5, hot)
+	RingLay(d, 6, 2, 5, dirty)
+	return d
+}
+
 // HasExtent: has the disk all four sectors of extent e?
 func HasExtent(d *disk.Disk, e int) bool { return e >= 0 && e <= 63 && 8+4*e+3 < d.Size() }
 

@@ -145,3 +145,22 @@ func TestHasExtentAndExtentBytes(t *testing.T) {
 		t.Error("HasExtent: true, where there is none")
 	}
 }
+
+// The log and the bitmap tell that, durable, and all other sectors are as Filled has them.
+func TestKnowing(t *testing.T) {
+	for _, size := range []int{8, 12, 24, api.MaxDisk} {
+		d, was := sample.Knowing(size, 5, 9), sample.Filled(size)
+		if sample.RingWord(d, 2, 4) != 5 || sample.RingWord(d, 6, 2) != 9 || len(d.Cached()) != 0 {
+			t.Errorf("of %d sectors: the log %#x, the bitmap %#x, Cached %v", size, sample.RingWord(d, 2, 4), sample.RingWord(d, 6, 2), d.Cached())
+		}
+		others := 0
+		for at := range size {
+			if d.Durable(at) != was.Durable(at) {
+				others++
+			}
+		}
+		if others != 2 {
+			t.Errorf("of %d sectors: %d are not as Filled has them", size, others)
+		}
+	}
+}

@@ -52,6 +52,70 @@ func Messages() []api.Message {
 	return list
 }
 
+// IsMessage: is it a message that may be, by chapter 17's words, one kind behind the other, with the limits' numbers written out?
+func IsMessage(m api.Message) bool {
+	isId := m.Id >= 1 && m.Id <= 72057594037927935
+	isExtent := m.Off >= 0 && m.Off <= 63
+	noGreet := !m.Was && m.Mask == 0
+	switch m.Kind {
+	case 1:
+		return m.Id == 0 && m.Off == 0 && len(m.Data) == 0
+	case 2:
+		size := len(m.Data)
+		return noGreet && isId && m.Off >= 0 && m.Off <= 255 && size > 0 && size <= 128 && size%16 == 0
+	case 3, 4, 5:
+		return noGreet && isId && m.Off == 0 && len(m.Data) == 0
+	case 6:
+		return noGreet && m.Id == 0 && isExtent && len(m.Data) == 64
+	case 7:
+		return noGreet && m.Id == 0 && isExtent && len(m.Data) == 0
+	case 8:
+		return noGreet && m.Id == 0 && m.Off == 0 && len(m.Data) == 0
+	}
+	return false
+}
+
+// NoMessages: messages that may not be: of no Kind, and of each Kind with one thing alone that its messages have not, or have otherwise.
+func NoMessages() []api.Message {
+	list := []api.Message{{}}
+	for _, kind := range NoMessageKinds() {
+		list = append(list, api.Message{Kind: kind}, api.Message{Kind: kind, Id: 5}, Data(5, 1, Bytes(32)), Ext(1, Bytes(64)))
+		list[len(list)-2].Kind, list[len(list)-1].Kind = kind, kind
+	}
+	for _, m := range []api.Message{Greet(0, false), Greet(9, true), Data(5, 9, Bytes(32)), Answer(3, 5), Answer(4, 5), Answer(5, 5), Ext(9, Bytes(64)), Have(9), {Kind: 8}} {
+		list = append(list, slices.DeleteFunc(others(m), IsMessage)...)
+	}
+	return list
+}
+
+// others: the message with one thing alone another one, each time another.
+func others(m api.Message) []api.Message {
+	var list []api.Message
+	but := func(set func(m *api.Message)) {
+		other := m
+		set(&other)
+		list = append(list, other)
+	}
+	for _, n := range append(append(NoExtents(), Ends()...), 0, 1, 5, 9, 63, 1<<16+1, 1<<56-1, 1<<56, 1<<56+1, 1<<57) {
+		but(func(m *api.Message) { m.Id = n })
+		but(func(m *api.Message) { m.Off = n })
+	}
+	for _, mask := range FewWords() {
+		but(func(m *api.Message) { m.Mask = mask })
+	}
+	but(func(m *api.Message) { m.Was = true })
+	for _, size := range []int{0, 1, 15, 16, 17, 31, 33, 63, 64, 65, 80, 127, 128, 129, 144, 200, 256, 1024} {
+		but(func(m *api.Message) { m.Data = Bytes(size) })
+	}
+	return list
+}
+
+// Data: the message that has a write.
+func Data(id, off int, b []byte) api.Message { return api.Message{Kind: 2, Id: id, Off: off, Data: b} }
+
+// Answer: the message of that kind, an Ack, an Over or a Retry, that answers a Data.
+func Answer(kind, id int) api.Message { return api.Message{Kind: kind, Id: id} }
+
 // Greet: the message that two nodes meet by.
 func Greet(mask uint64, was bool) api.Message { return api.Message{Kind: 1, Mask: mask, Was: was} }
 
@@ -111,4 +175,16 @@ func AlikeMessages(a, b api.Message) bool {
 		data          string
 	}
 	return plain{a.Kind, a.Id, a.Off, a.Mask, a.Was, string(a.Data)} == plain{b.Kind, b.Id, b.Off, b.Mask, b.Was, string(b.Data)}
+}
+
+// AlikeAll: have two lists the same messages, in the same order?
+func AlikeAll(a, b []api.Message) bool { return slices.EqualFunc(a, b, AlikeMessages) }
+
+// ShownAll: the messages as a test's words tell them.
+func ShownAll(list []api.Message) []string {
+	var texts []string
+	for _, m := range list {
+		texts = append(texts, Shown(m))
+	}
+	return texts
 }

@@ -91,10 +91,106 @@ func TestAlikeMessages(t *testing.T) {
 	}
 }
 
+// Of each Kind the one with the least, and the one with the most, of all that it has is one, and what is a little beside them is none.
+func TestIsMessage(t *testing.T) {
+	const most = 1<<56 - 1
+	for _, c := range []struct {
+		m    api.Message
+		want bool
+	}{
+		{api.Message{}, false},
+		{api.Message{Kind: 1}, true},
+		{api.Message{Kind: 1, Mask: math.MaxUint64, Was: true}, true},
+		{api.Message{Kind: 1, Id: 1}, false},
+		{api.Message{Kind: 2, Id: 1, Data: make([]byte, 16)}, true},
+		{api.Message{Kind: 2, Id: most, Off: 255, Data: make([]byte, 128)}, true},
+		{api.Message{Kind: 2, Id: 1}, false},
+		{api.Message{Kind: 2, Id: 1, Data: make([]byte, 24)}, false},
+		{api.Message{Kind: 2, Id: 1, Data: make([]byte, 144)}, false},
+		{api.Message{Kind: 2, Id: 1, Off: 256, Data: make([]byte, 16)}, false},
+		{api.Message{Kind: 2, Id: 1, Off: -1, Data: make([]byte, 16)}, false},
+		{api.Message{Kind: 2, Id: 0, Data: make([]byte, 16)}, false},
+		{api.Message{Kind: 2, Id: most + 1, Data: make([]byte, 16)}, false},
+		{api.Message{Kind: 3, Id: 1}, true},
+		{api.Message{Kind: 4, Id: most}, true},
+		{api.Message{Kind: 5, Id: 9, Data: []byte{}}, true},
+		{api.Message{Kind: 3}, false},
+		{api.Message{Kind: 4, Id: most + 1}, false},
+		{api.Message{Kind: 5, Id: -1}, false},
+		{api.Message{Kind: 5, Id: 1, Off: 1}, false},
+		{api.Message{Kind: 6, Off: 63, Data: make([]byte, 64)}, true},
+		{api.Message{Kind: 6, Off: 64, Data: make([]byte, 64)}, false},
+		{api.Message{Kind: 6, Data: make([]byte, 48)}, false},
+		{api.Message{Kind: 6, Id: 1, Data: make([]byte, 64)}, false},
+		{api.Message{Kind: 7, Off: 63}, true},
+		{api.Message{Kind: 7, Off: -1}, false},
+		{api.Message{Kind: 7, Data: make([]byte, 64)}, false},
+		{api.Message{Kind: 8}, true},
+		{api.Message{Kind: 8, Was: true}, false},
+		{api.Message{Kind: 8, Mask: 1}, false},
+		{api.Message{Kind: 9}, false},
+		{api.Message{Kind: -1}, false},
+	} {
+		if got := sample.IsMessage(c.m); got != c.want {
+			t.Errorf("IsMessage(%s): %v", sample.Shown(c.m), got)
+		}
+	}
+	for _, m := range sample.Messages() {
+		if !sample.IsMessage(m) {
+			t.Errorf("IsMessage(%s): false", sample.Shown(m))
+		}
+	}
+}
+
+// None may be; of each Kind there are some by each field, and of no Kind there are some with all that a Kind has; none shares memory with another.
+func TestNoMessages(t *testing.T) {
+	fresh := map[int]api.Message{1: sample.Greet(0, false), 2: sample.Data(5, 9, sample.Bytes(32)), 3: sample.Answer(3, 5), 4: sample.Answer(4, 5), 5: sample.Answer(5, 5), 6: sample.Ext(9, sample.Bytes(64)), 7: sample.Have(9), 8: {Kind: 8}}
+	type fault struct {
+		kind  int
+		field string
+	}
+	count, kinds := map[fault]int{}, map[int]int{}
+	list := sample.NoMessages()
+	for _, m := range list {
+		if sample.IsMessage(m) {
+			t.Errorf("NoMessages: %s is one", sample.Shown(m))
+		}
+		kinds[m.Kind]++
+		good := fresh[m.Kind]
+		for field, differs := range map[string]bool{"Id": m.Id != good.Id, "Off": m.Off != good.Off, "Mask": m.Mask != good.Mask, "Was": m.Was != good.Was, "Data": len(m.Data) != len(good.Data)} {
+			if differs {
+				count[fault{m.Kind, field}]++
+			}
+		}
+	}
+	for kind := range fresh {
+		for _, field := range []string{"Id", "Off", "Mask", "Was", "Data"} {
+			if isFree := kind == 1 && (field == "Was" || field == "Mask"); !isFree && count[fault{kind, field}] == 0 {
+				t.Errorf("NoMessages: none of Kind %d by its %s", kind, field)
+			}
+		}
+	}
+	for _, kind := range sample.NoMessageKinds() {
+		if kinds[kind] < 4 {
+			t.Errorf("NoMessages: %d of Kind %d", kinds[kind], kind)
+		}
+	}
+	for i := range list {
+		sample.Spoil(list[i].Data)
+	}
+	if again := sample.NoMessages(); slices.ContainsFunc(again, sample.IsMessage) || again[3].Data[0] != sample.Bytes(1)[0] {
+		t.Error("two answers share memory")
+	}
+}
+
 // What each is given stands in its fields, and nothing else does.
-func TestGreetExtAndHave(t *testing.T) {
+func TestMakers(t *testing.T) {
 	b := []byte{1, 2, 3}
 	for _, c := range []struct{ got, want api.Message }{
+		{sample.Data(5, 6, b), api.Message{Kind: 2, Id: 5, Off: 6, Data: b}},
+		{sample.Data(-1, -2, nil), api.Message{Kind: 2, Id: -1, Off: -2}},
+		{sample.Answer(3, 9), api.Message{Kind: 3, Id: 9}},
+		{sample.Answer(5, 0), api.Message{Kind: 5}},
 		{sample.Greet(5, false), api.Message{Kind: 1, Mask: 5}},
 		{sample.Greet(0, true), api.Message{Kind: 1, Was: true}},
 		{sample.Ext(7, b), api.Message{Kind: 6, Off: 7, Data: b}},
@@ -148,5 +244,28 @@ func TestShown(t *testing.T) {
 		if got := sample.Shown(c.m); got != c.want {
 			t.Errorf("%s, want %s", got, c.want)
 		}
+	}
+}
+
+// By each of them, by how many there are, and by their order.
+func TestAlikeAllAndShownAll(t *testing.T) {
+	one, two := sample.Have(1), sample.Answer(3, 2)
+	for _, c := range []struct {
+		a, b []api.Message
+		want bool
+	}{
+		{nil, []api.Message{}, true},
+		{nil, []api.Message{one}, false},
+		{[]api.Message{one, two}, []api.Message{sample.Have(1), sample.Answer(3, 2)}, true},
+		{[]api.Message{one, two}, []api.Message{two, one}, false},
+		{[]api.Message{one, two}, []api.Message{one}, false},
+		{[]api.Message{one, two}, []api.Message{one, sample.Answer(3, 3)}, false},
+	} {
+		if sample.AlikeAll(c.a, c.b) != c.want || sample.AlikeAll(c.b, c.a) != c.want {
+			t.Errorf("AlikeAll(%v, %v): %v", c.a, c.b, !c.want)
+		}
+	}
+	if got, want := sample.ShownAll([]api.Message{one, two}), []string{sample.Shown(one), sample.Shown(two)}; !slices.Equal(got, want) || len(sample.ShownAll(nil)) != 0 {
+		t.Errorf("ShownAll: %v, want %v", got, want)
 	}
 }
