@@ -29,17 +29,17 @@ func TestP28_2ThatMayBe(t *testing.T) {
 	for _, sectors := range []int{16, 64, 256} {
 		for _, n := range []int{1, 2, 5, 8} {
 			for _, off := range []int{0, 1, 3, sectors/2 - n, sectors - n - 1, sectors - n} {
-				holds(t, of(sectors), read(off, n), api.OK)
+				holds(t, of(sectors), sample.Read(off, n), api.OK)
 				holds(t, of(sectors), write(off, n, 16*n), api.OK)
 			}
 		}
-		holds(t, of(sectors), flush(), api.OK)
+		holds(t, of(sectors), sample.Flush(), api.OK)
 	}
 }
 
 func TestP28_2NoKind(t *testing.T) {
 	for _, kind := range sample.NoKinds() {
-		for _, r := range []api.Request{{}, read(0, 1), write(0, 1, 16), flush(), read(-1, 1), write(0, 9, 1)} {
+		for _, r := range []api.Request{{}, sample.Read(0, 1), write(0, 1, 16), sample.Flush(), sample.Read(-1, 1), write(0, 9, 1)} {
 			r.Kind = kind
 			holds(t, of(16), r, api.ErrInvalid)
 		}
@@ -77,7 +77,7 @@ func TestP28_2WrongSpans(t *testing.T) {
 func TestP28_2AtTheEnd(t *testing.T) {
 	for _, sectors := range []int{4, 8, 12, 16, 252, 256} {
 		for n := 1; n <= min(8, sectors); n++ {
-			for _, kind := range []func(off, n int) api.Request{read, func(off, n int) api.Request { return write(off, n, 16*n) }} {
+			for _, kind := range []func(off, n int) api.Request{sample.Read, func(off, n int) api.Request { return write(off, n, 16*n) }} {
 				holds(t, of(sectors), kind(sectors-n, n), api.OK)
 				holds(t, of(sectors), kind(sectors-n+1, n), api.ErrInvalid)
 				holds(t, of(sectors), kind(sectors, n), api.ErrInvalid)
@@ -89,18 +89,18 @@ func TestP28_2AtTheEnd(t *testing.T) {
 // A small area: a span of more sectors than there are, though no more than a request may have.
 func TestP28_2LongerThanTheArea(t *testing.T) {
 	for n := 5; n <= 8; n++ {
-		holds(t, of(4), read(0, n), api.ErrInvalid)
+		holds(t, of(4), sample.Read(0, n), api.ErrInvalid)
 		holds(t, of(4), write(0, n, 16*n), api.ErrInvalid)
 	}
 }
 
 func TestP28_2ReadWithData(t *testing.T) {
 	for _, size := range []int{1, 15, 16, 17, 32} {
-		r := read(3, 1)
+		r := sample.Read(3, 1)
 		r.Data = sample.Bytes(size)
 		holds(t, of(16), r, api.ErrInvalid)
 	}
-	noughts := read(3, 1)
+	noughts := sample.Read(3, 1)
 	noughts.Data = make([]byte, 1)
 	holds(t, of(16), noughts, api.ErrInvalid)
 }
@@ -139,12 +139,12 @@ func TestP28_2WriteWithRoomBehindIt(t *testing.T) {
 
 func TestP28_2FlushWithASpanOrData(t *testing.T) {
 	for _, s := range []api.Span{{Off: 1}, {Off: -1}, {Off: 16}, {Off: math.MaxInt}, {Off: math.MinInt}, {Len: 1}, {Len: -1}, {Len: 16}, {Len: math.MaxInt}, {Len: math.MinInt}, {Off: 1, Len: 1}, {Off: 1, Len: -1}, {Off: -1, Len: 1}} {
-		r := flush()
+		r := sample.Flush()
 		r.Span = s
 		holds(t, of(16), r, api.ErrInvalid)
 	}
 	for _, size := range []int{1, 16, 32} {
-		r := flush()
+		r := sample.Flush()
 		r.Data = sample.Bytes(size)
 		holds(t, of(16), r, api.ErrInvalid)
 	}
@@ -166,7 +166,7 @@ func TestR3NilAndEmptyData(t *testing.T) {
 
 // Of the settings only Sectors are looked at, whether the others may be or not.
 func TestP28_2OtherSettingsThatMayNotBe(t *testing.T) {
-	requests := []api.Request{read(15, 1), write(8, 8, 128), flush(), read(16, 1), write(8, 8, 127), {Kind: 3}}
+	requests := []api.Request{sample.Read(15, 1), write(8, 8, 128), sample.Flush(), sample.Read(16, 1), write(8, 8, 127), {Kind: 3}}
 	for _, s := range settings()[1:] {
 		for _, n := range slices.Concat([]int{0, s.least - 1, s.most + 1}, sample.Ends()) {
 			for _, r := range requests {
@@ -186,7 +186,7 @@ func TestP28_2OfNoSectors(t *testing.T) {
 			holds(t, of(sectors), api.Request{Kind: api.Read, Span: s}, api.ErrInvalid)
 			holds(t, of(sectors), write(s.Off, s.Len, 16*s.Len), api.ErrInvalid)
 		}
-		holds(t, of(sectors), flush(), api.OK)
+		holds(t, of(sectors), sample.Flush(), api.OK)
 	}
 }
 
@@ -195,23 +195,23 @@ func TestP28_2OfVeryManySectors(t *testing.T) {
 	const most = sample.MostSectors
 	for _, sectors := range []int{math.MaxInt, math.MaxInt - 1, most + 8} {
 		for _, off := range []int{0, 256, 1000, most - 8, most - 1, most} {
-			holds(t, of(sectors), read(off, 8), api.OK)
+			holds(t, of(sectors), sample.Read(off, 8), api.OK)
 			holds(t, of(sectors), write(off, 8, 128), api.OK)
-			holds(t, of(sectors), read(off, 9), api.ErrInvalid)
+			holds(t, of(sectors), sample.Read(off, 9), api.ErrInvalid)
 		}
 		for _, off := range []int{most + 1, math.MaxInt32, math.MaxInt - 8, math.MaxInt} {
-			holds(t, of(sectors), read(off, 1), api.ErrInvalid)
+			holds(t, of(sectors), sample.Read(off, 1), api.ErrInvalid)
 			holds(t, of(sectors), write(off, 1, 16), api.ErrInvalid)
 		}
 	}
-	holds(t, of(most+7), read(most, 8), api.ErrInvalid)
+	holds(t, of(most+7), sample.Read(most, 8), api.ErrInvalid)
 }
 
 // Sectors that are no multiple of an extent: the last ones are there.
 func TestP28_2OfSectorsThatAreNoMultiple(t *testing.T) {
 	for _, sectors := range []int{1, 2, 3, 5, 6, 7, 9, 257} {
-		holds(t, of(sectors), read(sectors-1, 1), api.OK)
-		holds(t, of(sectors), read(sectors, 1), api.ErrInvalid)
+		holds(t, of(sectors), sample.Read(sectors-1, 1), api.OK)
+		holds(t, of(sectors), sample.Read(sectors, 1), api.ErrInvalid)
 	}
 }
 
@@ -257,7 +257,7 @@ func TestP28_3AtMostThreeExtents(t *testing.T) {
 	for _, sectors := range []int{4, 8, 12, 16, 20, 64, 100, 252, 256} {
 		for off := -3; off <= sectors+3; off++ {
 			for n := -2; n <= 12; n++ {
-				for _, r := range []api.Request{read(off, n), write(off, n, 16*max(n, 0))} {
+				for _, r := range []api.Request{sample.Read(off, n), write(off, n, 16*max(n, 0))} {
 					if request.Check(of(sectors), r) != api.OK {
 						continue
 					}

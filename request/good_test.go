@@ -11,7 +11,7 @@ import (
 )
 
 func TestP28_1SettingsThatMayBe(t *testing.T) {
-	for _, c := range goodConfigs() {
+	for _, c := range sample.Settings() {
 		if !request.Good(c) {
 			t.Errorf("Good(%+v): false", c)
 		}
@@ -32,7 +32,7 @@ func TestP28_1EachSetting(t *testing.T) {
 	}
 	for _, s := range settings() {
 		may := s.may()
-		for _, c := range goodConfigs() {
+		for _, c := range sample.Settings() {
 			for _, n := range tried {
 				if got, want := request.Good(s.with(c, n)), slices.Contains(may, n); got != want {
 					t.Errorf("Good of %s %d in %+v: %v, want %v", s.name, n, c, got, want)
@@ -56,7 +56,7 @@ func TestP28_1Limits(t *testing.T) {
 		{"Patience", []int{math.MinInt, -2, -1, 0, 1}, []int{2, 3, 99, 100}, []int{101, 200, 1<<32 + 2, math.MaxInt}},
 	} {
 		s := settings()[slices.IndexFunc(settings(), func(s setting) bool { return s.name == c.name })]
-		for _, base := range goodConfigs() {
+		for _, base := range sample.Settings() {
 			for _, n := range c.may {
 				if !request.Good(s.with(base, n)) {
 					t.Errorf("Good of %s %d in %+v: false", c.name, n, base)

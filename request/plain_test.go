@@ -40,32 +40,9 @@ func (s setting) with(c api.Config, n int) api.Config {
 	return c
 }
 
-// goodConfigs: settings that may be: the least, the most, those of the document's examples, and some within.
-func goodConfigs() []api.Config {
-	return []api.Config{
-		{Sectors: 4, Hot: 3, Table: 1, Window: 1, Patience: 2},
-		{Sectors: 256, Hot: 16, Table: 16, Window: 64, Patience: 100},
-		{Sectors: 16, Hot: 3, Table: 4, Window: 4, Patience: 3},
-		{Sectors: 16, Hot: 3, Table: 1, Window: 1, Patience: 2},
-		{Sectors: 64, Hot: 8, Table: 7, Window: 33, Patience: 50},
-		{Sectors: 252, Hot: 4, Table: 15, Window: 63, Patience: 99},
-	}
-}
-
-// mayBe: may the request be asked of so many sectors, by the chapter's words? The greatest Off is counted back from the area's end, so that no sum can wrap.
-func mayBe(sectors int, r api.Request) bool {
-	s := r.Span
-	plain := min(s.Off, s.Len) >= 0 && max(s.Off, s.Len) <= sample.MostSectors
-	short := s.Len >= 1 && s.Len <= 8
-	lies := plain && short && sectors >= s.Len && s.Off <= sectors-s.Len
-	return r.Kind == 0 && lies && len(r.Data) == 0 ||
-		r.Kind == 1 && lies && len(r.Data) == 16*s.Len ||
-		r.Kind == 2 && s.Off == 0 && s.Len == 0 && len(r.Data) == 0
-}
-
 // want: what Check is to answer.
 func want(sectors int, r api.Request) api.Errno {
-	if mayBe(sectors, r) {
+	if sample.IsRequest(sectors, r) {
 		return api.OK
 	}
 	return api.ErrInvalid
@@ -76,16 +53,8 @@ func of(sectors int) api.Config {
 	return api.Config{Sectors: sectors, Hot: 3, Table: 4, Window: 4, Patience: 3}
 }
 
-// read, write, flush: requests of the three kinds.
-func read(off, n int) api.Request {
-	return api.Request{Kind: api.Read, Span: api.Span{Off: off, Len: n}}
-}
-
-func write(off, n, size int) api.Request {
-	return api.Request{Kind: api.Write, Span: api.Span{Off: off, Len: n}, Data: sample.Bytes(size)}
-}
-
-func flush() api.Request { return api.Request{Kind: api.Flush} }
+// write: the request that so many sectors from off on are to have bytes of that size.
+func write(off, n, size int) api.Request { return sample.Write(off, n, sample.Bytes(size)) }
 
 // datas: Data of no sector, of each number of sectors that a request may have, and of one more, with a byte fewer and a byte more; nil and empty.
 func datas() [][]byte {

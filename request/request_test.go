@@ -32,10 +32,10 @@ func copied(r api.Request) api.Request {
 // some: requests that may be, and that may not; no two are alike.
 func some() []api.Request {
 	return []api.Request{
-		flush(),
-		read(0, 1),
-		read(3, 2),
-		read(2, 3),
+		sample.Flush(),
+		sample.Read(0, 1),
+		sample.Read(3, 2),
+		sample.Read(2, 3),
 		write(3, 2, 32),
 		write(2, 3, 48),
 		write(3, 2, 31),
@@ -156,10 +156,10 @@ func TestR4AskedAgain(t *testing.T) {
 	ask := func() string {
 		var all []any
 		for _, r := range some() {
-			all = append(all, request.Check(of(16), r), request.Name(r.Kind), request.Same(r, flush()))
+			all = append(all, request.Check(of(16), r), request.Name(r.Kind), request.Same(r, sample.Flush()))
 			sample.Spoil(r.Data)
 		}
-		for _, c := range goodConfigs() {
+		for _, c := range sample.Settings() {
 			all = append(all, request.Good(c))
 		}
 		return fmt.Sprint(all)

@@ -1,4 +1,4 @@
-// Package sample has what the tests of several layers need: inputs that they try, orders and runs to try them in, whether memory is shared, messages, disks, whether two disks are alike, and the rings and extents on them by plain words. No layer calls it.
+// Package sample has what the tests of several layers need: inputs that they try, orders and runs to try them in, whether memory is shared, messages, requests and settings, disks, whether two disks are alike, and the rings and extents on them by plain words. No layer calls it.
 package sample
 
 import (
